@@ -7,6 +7,7 @@ import (
 	"testing"
 
 	"arbor/api"
+	"arbor/drill"
 )
 
 // The steps of a script: these, or else to drop the block of that number.
@@ -61,27 +62,10 @@ func (w *world) commit(root, aux, seq int) {
 	want(w.t, "Commit", w.p.Commit(root, aux, uint64(seq)), w.book.commit(root, aux, uint64(seq)))
 }
 
-// scripts: each list of so many steps.
-func scripts(steps []int, length int, each func([]int)) {
-	script := make([]int, length)
-	var fill func(int)
-	fill = func(n int) {
-		if n == length {
-			each(script)
-			return
-		}
-		for _, step := range steps {
-			script[n] = step
-			fill(n + 1)
-		}
-	}
-	fill(0)
-}
-
 // P4.4 to P4.10, P4.12: every script of up to five steps.
 func TestEveryShortScript(t *testing.T) {
 	for length := range 6 {
-		scripts(shortSteps, length, func(script []int) {
+		drill.Scripts(shortSteps, length, func(script []int) {
 			w := newWorld(t, tiny)
 			defer tellFailed(t, script)
 			for n, step := range script {
@@ -98,22 +82,11 @@ func tellFailed(t *testing.T, script []int) {
 	}
 }
 
-// keeps: every choice of the waiting writes that survive.
-func keeps(waiting int, each func([]bool)) {
-	keep := make([]bool, waiting)
-	for mask := range 1 << waiting {
-		for n := range keep {
-			keep[n] = mask>>n&1 == 1
-		}
-		each(keep)
-	}
-}
-
 // P4.11: every script of up to three steps and a commit behind it; the power goes with each write in turn, or not at all, and every choice of the waiting writes survives.
 func TestEveryLossOfPower(t *testing.T) {
 	g := api.Geometry{Sector: 64, Per: 2, Log: 2, Blocks: 5}
 	for length := range 4 {
-		scripts(shortSteps, length, func(script []int) {
+		drill.Scripts(shortSteps, length, func(script []int) {
 			defer tellFailed(t, script)
 			for arm, more := 0, true; more; arm++ {
 				w := newWorld(t, g)
@@ -124,36 +97,19 @@ func TestEveryLossOfPower(t *testing.T) {
 					w.play(step, n+1)
 				}
 				w.same()
-				keeps(len(w.book.waiting), func(keep []bool) { w.crash(keep) })
+				drill.Keeps(len(w.book.waiting), func(keep []bool) { w.crash(keep) })
 				more = w.book.dead
 			}
 		})
 	}
 }
 
-// numbers: without a plain pattern, the same each time.
-type numbers uint32
-
-func (n *numbers) below(bound int) int {
-	*n = *n*1664525 + 1013904223
-	return int(*n>>8) % bound
-}
-
-func (n *numbers) keep(waiting int) []bool {
-	keep := make([]bool, n.below(waiting+3))
-	lean := n.below(4)
-	for j := range keep {
-		keep[j] = lean == 3 || lean > 0 && n.below(2) == 0
-	}
-	return keep
-}
-
-func (n *numbers) step(blocks int) int {
-	switch c := n.below(40); {
+func nextStep(numbers *drill.Numbers, blocks int) int {
+	switch c := numbers.Below(40); {
 	case c < 14:
 		return stepPut
 	case c < 24:
-		return n.below(blocks+2) - 1
+		return numbers.Below(blocks+2) - 1
 	case c < 28:
 		return stepBegin
 	case c < 31:
@@ -174,7 +130,7 @@ func (n *numbers) step(blocks int) int {
 
 // P4.4 to P4.12: long scripts with many losses of power, each of which the script goes on behind.
 func TestLongScripts(t *testing.T) {
-	random := numbers(7)
+	numbers := drill.Numbers(7)
 	for _, g := range []api.Geometry{
 		tiny, wide,
 		{Sector: 64, Per: 2, Log: 2, Blocks: 6},
@@ -185,16 +141,16 @@ func TestLongScripts(t *testing.T) {
 		w := newWorld(t, g)
 		crashes := 0
 		for seq := range 2500 {
-			if random.below(30) == 0 {
-				w.arm(random.below(4*g.Per) - 1)
+			if numbers.Below(30) == 0 {
+				w.arm(numbers.Below(4*g.Per) - 1)
 			}
-			w.play(random.step(g.Blocks), seq)
+			w.play(nextStep(&numbers, g.Blocks), seq)
 			if seq%5 == 0 || w.book.dead {
 				w.same()
-				w.crash(random.keep(len(w.book.waiting)))
+				w.crash(numbers.Keep(len(w.book.waiting)))
 			}
-			if w.book.dead && random.below(3) == 0 {
-				w = w.crash(random.keep(len(w.book.waiting)))
+			if w.book.dead && numbers.Below(3) == 0 {
+				w = w.crash(numbers.Keep(len(w.book.waiting)))
 				crashes++
 			}
 		}
@@ -209,7 +165,7 @@ func TestSurviveWithPower(t *testing.T) {
 	w := newWorld(t, wide)
 	for seq := range 6 {
 		w.put(byte(seq), "page")
-		keeps(min(len(w.book.waiting), 9), func(keep []bool) { w.crash(keep) })
+		drill.Keeps(min(len(w.book.waiting), 9), func(keep []bool) { w.crash(keep) })
 		if seq%2 == 1 {
 			w.commit(-1, -1, seq)
 		}
