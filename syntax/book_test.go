@@ -8,6 +8,7 @@ import (
 	"testing"
 
 	"arbor/api"
+	"arbor/drill"
 	"arbor/lexer"
 	"arbor/syntax"
 	"arbor/value"
@@ -512,16 +513,6 @@ func bookText(e api.Expr) string {
 
 // What the tests ask.
 
-func sameExpr(a, b api.Expr) bool {
-	return a.Op == b.Op && a.N == b.N && a.S == b.S && slices.EqualFunc(a.Kids, b.Kids, sameExpr)
-}
-
-func sameStmt(a, b api.Stmt) bool {
-	return a.Op == b.Op && a.Field == b.Field && slices.EqualFunc(a.Exprs, b.Exprs, sameExpr) && same(a.Then, b.Then) && same(a.Else, b.Else)
-}
-
-func same(a, b []api.Stmt) bool { return slices.EqualFunc(a, b, sameStmt) }
-
 // wantParse: Parse answers what the book does; and what it gives is printed and parsed back.
 func wantParse(t *testing.T, src string) {
 	t.Helper()
@@ -534,7 +525,7 @@ func wantParse(t *testing.T, src string) {
 
 func wantProgram(t *testing.T, src string, want []api.Stmt, e api.Errno, place int) {
 	t.Helper()
-	if got, errno, where := syntax.Parse(src); !same(got, want) || errno != e || where != place {
+	if got, errno, where := syntax.Parse(src); !drill.Same(got, want) || errno != e || where != place {
 		t.Fatalf("Parse(%q) = %+v, %d, %d, want %+v, %d, %d", src, got, errno, where, want, e, place)
 	}
 }
@@ -551,7 +542,7 @@ func wantParseExpr(t *testing.T, src string) {
 
 func wantTree(t *testing.T, src string, want api.Expr, e api.Errno, place int) {
 	t.Helper()
-	if got, errno, where := syntax.ParseExpr(src); !sameExpr(got, want) || errno != e || where != place {
+	if got, errno, where := syntax.ParseExpr(src); !drill.SameExpr(got, want) || errno != e || where != place {
 		t.Fatalf("ParseExpr(%q) = %+v, %d, %d, want %+v, %d, %d", src, got, errno, where, want, e, place)
 	}
 }

@@ -119,7 +119,7 @@ func TestOneWrongPart(t *testing.T) {
 	numbers := drill.Numbers(83)
 	for range 2000 {
 		p := anyProgram(&numbers, 5)
-		exprs, stmts := partsOf(p)
+		exprs, stmts := drill.Parts(p)
 		if len(stmts) == 0 {
 			continue
 		}
@@ -130,26 +130,6 @@ func TestOneWrongPart(t *testing.T) {
 		}
 		wantPrint(t, p)
 	}
-}
-
-// partsOf: all expressions and statements of a program.
-func partsOf(p []api.Stmt) (exprs []*api.Expr, stmts []*api.Stmt) {
-	for i := range p {
-		stmts = append(stmts, &p[i])
-		exprs = append(exprs, kidsOf(p[i].Exprs)...)
-		for _, block := range [][]api.Stmt{p[i].Then, p[i].Else} {
-			inExprs, inStmts := partsOf(block)
-			exprs, stmts = append(exprs, inExprs...), append(stmts, inStmts...)
-		}
-	}
-	return exprs, stmts
-}
-
-func kidsOf(list []api.Expr) (all []*api.Expr) {
-	for i := range list {
-		all = append(append(all, &list[i]), kidsOf(list[i].Kids)...)
-	}
-	return all
 }
 
 func spoilExpr(numbers *drill.Numbers, e *api.Expr) {

@@ -8,64 +8,16 @@ import (
 	"arbor/syntax"
 )
 
-// copied: the same tree in other memory, each list with spare room that is marked.
-func copied(p []api.Stmt) []api.Stmt {
-	list := make([]api.Stmt, 0, len(p)+1)
-	for _, s := range p {
-		s.Exprs, s.Then, s.Else = copiedExprs(s.Exprs), copied(s.Then), copied(s.Else)
-		list = append(list, s)
-	}
-	list[:len(p)+1][len(p)] = api.Stmt{Op: api.SDelete, Field: "spare"}
-	return list
-}
-
-func copiedExprs(list []api.Expr) []api.Expr {
-	kids := make([]api.Expr, 0, len(list)+1)
-	for _, e := range list {
-		e.Kids = copiedExprs(e.Kids)
-		kids = append(kids, e)
-	}
-	kids[:len(list)+1][len(list)] = api.Expr{Op: api.EField, S: "spare"}
-	return kids
-}
-
-// spare: is the room behind each list as it was?
-func spare(p []api.Stmt) bool {
-	last := p[:len(p)+1][len(p)]
-	if last.Op != api.SDelete || last.Field != "spare" {
-		return false
-	}
-	for _, s := range p {
-		if !spareExprs(s.Exprs) || !spare(s.Then) || !spare(s.Else) {
-			return false
-		}
-	}
-	return true
-}
-
-func spareExprs(list []api.Expr) bool {
-	last := list[:len(list)+1][len(list)]
-	if last.Op != api.EField || last.S != "spare" {
-		return false
-	}
-	for _, e := range list {
-		if !spareExprs(e.Kids) {
-			return false
-		}
-	}
-	return true
-}
-
 // P8.5: a tree that is handed in is not changed, nor is the spare room of its lists.
 func TestTreesAreNotChanged(t *testing.T) {
 	numbers := drill.Numbers(85)
 	for i := range 500 {
 		p := anyProgram(&numbers, 5)
-		if exprs, stmts := partsOf(p); i%2 == 0 && len(exprs) > 0 {
+		if exprs, stmts := drill.Parts(p); i%2 == 0 && len(exprs) > 0 {
 			spoilExpr(&numbers, exprs[numbers.Below(len(exprs))])
 			spoilStmt(&numbers, stmts[numbers.Below(len(stmts))])
 		}
-		given := copied(p)
+		given := drill.Copied(p)
 		syntax.Check(given)
 		syntax.Print(given)
 		for _, s := range given {
@@ -74,7 +26,7 @@ func TestTreesAreNotChanged(t *testing.T) {
 				syntax.PrintExpr(e)
 			}
 		}
-		if !same(given, p) || !spare(given) {
+		if !drill.Same(given, p) || !drill.Untouched(given) {
 			t.Fatalf("a tree was changed: %+v, it was %+v", given, p)
 		}
 	}
@@ -142,14 +94,14 @@ func TestAnswersShareNothing(t *testing.T) {
 			}
 		}
 		fill(one)
-		if again, e, _ := syntax.Parse(src); !same(other, p) || !same(again, p) || e != api.OK {
+		if again, e, _ := syntax.Parse(src); !drill.Same(other, p) || !drill.Same(again, p) || e != api.OK {
 			t.Fatalf("Parse(%q): what was done to one answer is seen in another", src)
 		}
 		for _, s := range p {
 			for _, x := range s.Exprs {
 				mine, e, _ := syntax.ParseExpr(bookText(x))
 				fillExprs(mine.Kids)
-				if again, errno, _ := syntax.ParseExpr(bookText(x)); e != errno || e == api.OK && !sameExpr(again, x) {
+				if again, errno, _ := syntax.ParseExpr(bookText(x)); e != errno || e == api.OK && !drill.SameExpr(again, x) {
 					t.Fatalf("ParseExpr(%q): what was done to one answer is seen in another", bookText(x))
 				}
 			}

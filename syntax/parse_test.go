@@ -117,7 +117,7 @@ func TestBlanksAndCommentsMeanNothing(t *testing.T) {
 				src := gap + strings.Join(parts, gap) + end
 				wantParse(t, src)
 				plain, e, _ := syntax.Parse(tokens)
-				if got, errno, _ := syntax.Parse(src); !same(got, plain) || errno != e {
+				if got, errno, _ := syntax.Parse(src); !drill.Same(got, plain) || errno != e {
 					t.Errorf("Parse(%q) = %v, %d, want %v, %d", src, got, errno, plain, e)
 				}
 			}
