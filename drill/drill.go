@@ -1,4 +1,4 @@
-// Package drill: what the tests of several layers are made of: every short script, every choice of surviving writes, and numbers for long scripts.
+// Package drill: what the tests of several layers are made of: every short script, every choice of surviving writes, numbers for long scripts; trees, and those that fit a schema; texts.
 package drill
 
 // Scripts: each list of so many steps is handed on, the same memory each time.
@@ -39,4 +39,9 @@ func (n *Numbers) Keep(waiting int) []bool {
 		keep[j] = lean == 3 || lean > 0 && n.Below(2) == 0
 	}
 	return keep
+}
+
+// Pick: any of a list.
+func Pick[Part any](n *Numbers, list []Part) Part {
+	return list[n.Below(len(list))]
 }

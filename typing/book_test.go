@@ -6,6 +6,7 @@ import (
 	"testing"
 
 	"arbor/api"
+	"arbor/drill"
 	"arbor/syntax"
 	"arbor/typing"
 	"arbor/value"
@@ -225,48 +226,10 @@ func bookList(s api.Schema, p []api.Stmt, number int) (api.Errno, int) {
 
 // What the tests ask.
 
-func schemaOf(t *testing.T, text string) api.Schema {
-	t.Helper()
-	s, e := value.ParseSchema(text)
-	if e != api.OK {
-		t.Fatalf("ParseSchema(%q): %d", text, e)
-	}
-	return s
-}
-
-func exprOf(t *testing.T, src string) api.Expr {
-	t.Helper()
-	x, e, at := syntax.ParseExpr(src)
-	if e != api.OK {
-		t.Fatalf("ParseExpr(%q): %d at %d", src, e, at)
-	}
-	return x
-}
-
-func programOf(t *testing.T, src string) []api.Stmt {
-	t.Helper()
-	p, e, at := syntax.Parse(src)
-	if e != api.OK {
-		t.Fatalf("Parse(%q): %d at %d", src, e, at)
-	}
-	return p
-}
-
-// shown: an expression for a message of a test.
-func shown(e api.Expr) string {
-	text, _ := syntax.PrintExpr(e)
-	return text
-}
-
-func shownProgram(p []api.Stmt) string {
-	text, _ := syntax.Print(p)
-	return text
-}
-
 func wantType(t *testing.T, s api.Schema, e api.Expr, of int, optional bool, errno api.Errno) {
 	t.Helper()
 	if k, o, got := typing.Type(s, e); k != of || o != optional || got != errno {
-		t.Fatalf("Type of %s (%+v) = %d, %v, %d, want %d, %v, %d", shown(e), e, k, o, got, of, optional, errno)
+		t.Fatalf("Type of %s (%+v) = %d, %v, %d, want %d, %v, %d", drill.ShownExpr(e), e, k, o, got, of, optional, errno)
 	}
 }
 
@@ -280,7 +243,7 @@ func wantBookType(t *testing.T, s api.Schema, e api.Expr) {
 func wantCheck(t *testing.T, s api.Schema, p []api.Stmt, errno api.Errno, number int) {
 	t.Helper()
 	if got, at := typing.Check(s, p); got != errno || at != number {
-		t.Fatalf("Check of %s (%+v) = %d, %d, want %d, %d", shownProgram(p), p, got, at, errno, number)
+		t.Fatalf("Check of %s (%+v) = %d, %d, want %d, %d", drill.Shown(p), p, got, at, errno, number)
 	}
 }
 
@@ -294,6 +257,6 @@ func wantBookCheck(t *testing.T, s api.Schema, p []api.Stmt) {
 func wantFields(t *testing.T, s api.Schema, p []api.Stmt, reads, writes []string, errno api.Errno) {
 	t.Helper()
 	if r, w, got := typing.Fields(s, p); !slices.Equal(r, reads) || !slices.Equal(w, writes) || got != errno {
-		t.Fatalf("Fields of %s (%+v) = %v, %v, %d, want %v, %v, %d", shownProgram(p), p, r, w, got, reads, writes, errno)
+		t.Fatalf("Fields of %s (%+v) = %v, %v, %d, want %v, %v, %d", drill.Shown(p), p, r, w, got, reads, writes, errno)
 	}
 }

@@ -24,7 +24,7 @@ func everyStmt(s api.Schema) []api.Stmt {
 		}
 	}
 	for _, e := range exprs {
-		list = append(list, choice(e, nil, nil))
+		list = append(list, drill.Choice(e, nil, nil))
 	}
 	return list
 }
@@ -32,7 +32,7 @@ func everyStmt(s api.Schema) []api.Stmt {
 // P9.2: every statement, in every kind of place.
 func TestCheckOfEveryStmt(t *testing.T) {
 	news := []api.Stmt{{Op: api.SNew}}
-	for _, s := range schemas(t) {
+	for _, s := range drill.Schemas() {
 		outcomes := map[api.Errno]int{}
 		for _, st := range everyStmt(s) {
 			alone := []api.Stmt{st}
@@ -42,9 +42,9 @@ func TestCheckOfEveryStmt(t *testing.T) {
 			for number, p := range [][]api.Stmt{ // in each of them the statement has its program's place as its number
 				{st, {Op: api.SNew}},
 				{{Op: api.SNew}, st},
-				{choice(here(), news, alone)},
-				{choice(here(), news, news), st},
-				{choice(here(), []api.Stmt{{Op: api.SNew}, choice(here(), news, alone)}, news)},
+				{drill.Choice(drill.Here(), news, alone)},
+				{drill.Choice(drill.Here(), news, news), st},
+				{drill.Choice(drill.Here(), []api.Stmt{{Op: api.SNew}, drill.Choice(drill.Here(), news, alone)}, news)},
 			} {
 				if errno == api.OK {
 					number = 0
@@ -62,12 +62,12 @@ func TestCheckOfEveryStmt(t *testing.T) {
 
 // P9.2: an if whose condition does not fit is told ahead of what stands in it; of what stands in it the first one is told.
 func TestCheckOfEveryIf(t *testing.T) {
-	s := schemaOf(t, "n:int,m:int?,on:bool,off:bool?")
-	conditions := []api.Expr{here(), field("on"), field("off"), field("n"), field("m"), field("x"), exprOf(t, "off == m")}
-	blocks := [][]api.Stmt{nil, programOf(t, "new"), programOf(t, "n = m"), programOf(t, "new; on = 1"), programOf(t, "if off { x = 1 }"), programOf(t, "if on { x = 1 } else { clear n }; clear x")}
+	s := drill.SchemaOf("n:int,m:int?,on:bool,off:bool?")
+	conditions := []api.Expr{drill.Here(), drill.Field("on"), drill.Field("off"), drill.Field("n"), drill.Field("m"), drill.Field("x"), drill.ExprOf("off == m")}
+	blocks := [][]api.Stmt{nil, drill.ProgramOf("new"), drill.ProgramOf("n = m"), drill.ProgramOf("new; on = 1"), drill.ProgramOf("if off { x = 1 }"), drill.ProgramOf("if on { x = 1 } else { clear n }; clear x")}
 	for _, e := range conditions {
 		drill.Scripts(blocks, 3, func(script [][]api.Stmt) {
-			wantBookCheck(t, s, append([]api.Stmt{choice(e, script[0], script[1])}, script[2]...))
+			wantBookCheck(t, s, append([]api.Stmt{drill.Choice(e, script[0], script[1])}, script[2]...))
 		})
 	}
 }
@@ -104,7 +104,7 @@ func (w *writer) stmt(deep int) string {
 		return p.text
 	}
 	if deep == 0 || w.numbers.Below(2) == 0 {
-		return pickOne(w.numbers, []string{"new", "delete", "clear m", "n+=1", "m=m", "m min=3", "if on{}"})
+		return drill.Pick(w.numbers, []string{"new", "delete", "clear m", "n+=1", "m=m", "m min=3", "if on{}"})
 	}
 	text := "if here{" + w.list(deep-1) + "}"
 	switch w.numbers.Below(3) {
@@ -119,7 +119,7 @@ func (w *writer) stmt(deep int) string {
 
 // Statements are numbered in the order in which they begin in the text, and the first of those that do not fit is told.
 func TestNumbersOfStatements(t *testing.T) {
-	s := schemaOf(t, exampleSchema)
+	s := drill.SchemaOf(exampleSchema)
 	numbers := drill.Numbers(92)
 	misfits := []planted{
 		{"n=m", api.ErrOptional}, {"x=1", api.ErrField}, {"n=on", api.ErrType}, {"clear n", api.ErrOptional}, {"clear x", api.ErrField},
@@ -128,9 +128,9 @@ func TestNumbersOfStatements(t *testing.T) {
 	found := map[int]int{}
 	for range 20000 {
 		first, second := numbers.Below(12), numbers.Below(24)
-		w := writer{numbers: &numbers, plants: map[int]planted{first: pickOne(&numbers, misfits)}}
+		w := writer{numbers: &numbers, plants: map[int]planted{first: drill.Pick(&numbers, misfits)}}
 		if numbers.Below(2) == 0 {
-			w.plants[second] = pickOne(&numbers, misfits)
+			w.plants[second] = drill.Pick(&numbers, misfits)
 		}
 		p, e, _ := syntax.Parse(w.list(3))
 		if e != api.OK {
@@ -150,10 +150,11 @@ func TestNumbersOfStatements(t *testing.T) {
 // P9.2: programs that fit, and those that are one part away from them.
 func TestCheckOfDeepPrograms(t *testing.T) {
 	numbers := drill.Numbers(29)
-	for _, s := range schemas(t) {
+	for _, s := range drill.Schemas() {
+		fitting := drill.Fitting{Schema: s, Numbers: &numbers}
 		refused := map[api.Errno]int{}
 		for i := range 3000 {
-			p := fittingProgram(&numbers, s, 2+i%4)
+			p := fitting.Program(2 + i%4)
 			wantBookCheck(t, s, p)
 			if syntax.Check(p) == api.OK {
 				wantCheck(t, s, p, api.OK, 0)
@@ -162,9 +163,9 @@ func TestCheckOfDeepPrograms(t *testing.T) {
 			exprs, stmts := drill.Parts(p)
 			for range 1 + i%2 {
 				if len(exprs) > 0 && numbers.Below(2) == 0 {
-					spoil(&numbers, s, pickOne(&numbers, exprs))
+					fitting.Spoil(drill.Pick(&numbers, exprs))
 				} else if len(stmts) > 0 {
-					pickOne(&numbers, stmts).Field = pickOne(&numbers, namesOf(s))
+					drill.Pick(&numbers, stmts).Field = drill.Pick(&numbers, namesOf(s))
 				}
 			}
 			wantBookCheck(t, s, p)
@@ -179,70 +180,37 @@ func TestCheckOfDeepPrograms(t *testing.T) {
 	}
 }
 
-// wrongPrograms: what syntax.Check refuses, by its error.
-func wrongPrograms() map[api.Errno][][]api.Stmt {
-	misfit, news := api.Stmt{Op: api.SClear, Field: "x"}, api.Stmt{Op: api.SNew}
-	ifs := []api.Stmt{misfit}
-	for range 1 << 16 {
-		ifs = []api.Stmt{choice(here(), ifs, nil)}
-	}
-	wrong := map[api.Errno][][]api.Stmt{
-		api.ErrMany: {
-			slices.Repeat([]api.Stmt{misfit}, 33), slices.Repeat([]api.Stmt{news}, 1<<17), ifs,
-			{misfit, choice(here(), slices.Repeat([]api.Stmt{news}, 15), slices.Repeat([]api.Stmt{news}, 16))},
-		},
-		api.ErrTree: {
-			{{}}, {misfit, {}}, {{Op: 9}}, {{Op: -1 << 63}}, {{Op: api.SSet, Field: "n"}}, {{Op: api.SSet, Exprs: []api.Expr{number(1)}}},
-			{{Op: api.SNew, Field: "n"}}, {{Op: api.SDelete, Exprs: []api.Expr{here()}}}, {{Op: api.SClear, Field: "if"}}, {{Op: api.SIf}},
-			{{Op: api.SNew, Then: []api.Stmt{news}}}, {{Op: api.SClear, Field: "m", Else: []api.Stmt{news}}},
-			{misfit, choice(here(), []api.Stmt{misfit, {}}, nil)}, append(slices.Repeat([]api.Stmt{news}, 1<<17), api.Stmt{}),
-		},
-	}
-	for errno, list := range wrongExprs() {
-		for _, e := range list {
-			wrong[errno] = append(wrong[errno], []api.Stmt{misfit, set("n", e)}, []api.Stmt{choice(here(), nil, []api.Stmt{choice(e, nil, nil)})})
-		}
-	}
-	wrong[api.ErrDepth] = append(wrong[api.ErrDepth], []api.Stmt{misfit, set("on", nested(api.ENot, 11, here()))})
-	return wrong
-}
-
 // P9.2, R9: a schema that is none comes ahead of all, then what is wrong with the tree, both with the number 0.
 func TestOrderOfErrorsOfCheck(t *testing.T) {
-	s := schemaOf(t, intsSchema)
-	for errno, list := range wrongPrograms() {
-		for _, p := range list {
-			if got := syntax.Check(p); got != errno {
-				t.Fatalf("syntax.Check of %+v = %d", p, got)
-			}
-			wantCheck(t, s, p, errno, 0)
-			wantCheck(t, api.Schema{}, p, api.ErrSchema, 0)
-			wantFields(t, s, p, nil, nil, errno)
-			wantFields(t, api.Schema{}, p, nil, nil, api.ErrSchema)
-		}
+	s := drill.Schemas()[0]
+	for _, wrong := range drill.WrongPrograms() {
+		wantCheck(t, s, wrong.Part, wrong.Errno, 0)
+		wantCheck(t, api.Schema{}, wrong.Part, api.ErrSchema, 0)
+		wantFields(t, s, wrong.Part, nil, nil, wrong.Errno)
+		wantFields(t, api.Schema{}, wrong.Part, nil, nil, api.ErrSchema)
 	}
-	for _, wrong := range wrongSchemas() {
+	for _, wrong := range drill.WrongSchemas() {
 		for _, src := range []string{"", "new", "n = 1", "new; x = 1"} {
-			wantCheck(t, wrong, programOf(t, src), api.ErrSchema, 0)
-			wantFields(t, wrong, programOf(t, src), nil, nil, api.ErrSchema)
+			wantCheck(t, wrong, drill.ProgramOf(src), api.ErrSchema, 0)
+			wantFields(t, wrong, drill.ProgramOf(src), nil, nil, api.ErrSchema)
 		}
 	}
 }
 
 // P9.2: as many statements as may be, as deep as may be, and a misfit in the last of them.
 func TestLimitsOfPrograms(t *testing.T) {
-	s := schemaOf(t, intsSchema)
+	s := drill.Schemas()[0]
 	for number := range api.MaxStmts {
 		p := slices.Repeat([]api.Stmt{{Op: api.SNew}}, api.MaxStmts)
 		wantCheck(t, s, p, api.OK, 0)
-		p[number] = set("n", field("on"))
+		p[number] = drill.Change(api.SSet, "n", drill.Field("on"))
 		wantCheck(t, s, p, api.ErrType, number)
 	}
 	p := []api.Stmt{{Op: api.SClear, Field: "n"}}
 	for depth := range api.MaxDepth - 1 {
-		p = []api.Stmt{choice(here(), p, nil)}
+		p = []api.Stmt{drill.Choice(drill.Here(), p, nil)}
 		wantCheck(t, s, p, api.ErrOptional, depth+1)
-		wantCheck(t, s, []api.Stmt{set("on", nested(api.ENot, depth, field("off")))}, api.ErrOptional, 0)
-		wantCheck(t, s, []api.Stmt{set("off", nested(api.ENot, depth, field("on")))}, api.OK, 0)
+		wantCheck(t, s, []api.Stmt{drill.Change(api.SSet, "on", drill.Nested(api.ENot, depth, drill.Field("off")))}, api.ErrOptional, 0)
+		wantCheck(t, s, []api.Stmt{drill.Change(api.SSet, "off", drill.Nested(api.ENot, depth, drill.Field("on")))}, api.OK, 0)
 	}
 }

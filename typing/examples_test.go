@@ -5,6 +5,7 @@ import (
 	"testing"
 
 	"arbor/api"
+	"arbor/drill"
 )
 
 // The chapter's examples, line by line.
@@ -12,7 +13,7 @@ import (
 const exampleSchema = "n:int,m:int?,on:bool,tag:bytes?"
 
 func TestExamplesOfTypes(t *testing.T) {
-	s := schemaOf(t, exampleSchema)
+	s := drill.SchemaOf(exampleSchema)
 	for _, x := range []struct {
 		src      string
 		of       int
@@ -27,25 +28,25 @@ func TestExamplesOfTypes(t *testing.T) {
 		{"on == on", api.Bool, false},
 		{"m ?? m ?? 1", api.Int, false},
 	} {
-		wantType(t, s, exprOf(t, x.src), x.of, x.optional, api.OK)
+		wantType(t, s, drill.ExprOf(x.src), x.of, x.optional, api.OK)
 	}
 }
 
 func TestExamplesOfMisfits(t *testing.T) {
-	s := schemaOf(t, exampleSchema)
+	s := drill.SchemaOf(exampleSchema)
 	for e, sources := range map[api.Errno]string{
 		api.ErrField:    `x; has x; x + tag; tag + x; pick(n, x, 1)`,
 		api.ErrOptional: `has n; n ?? 5; m ?? m; m + 1; m + tag; tag < n; pick(on, m, 1); cat(tag, tag)`,
 		api.ErrType:     `m ?? "a"; m ?? tag; tag + 1; 1 + tag; on < on; n < "a"; not n; pick(n, m, 1); pick(on, 1, "a"); len(n)`,
 	} {
 		for src := range strings.SplitSeq(sources, "; ") {
-			wantType(t, s, exprOf(t, src), 0, false, e)
+			wantType(t, s, drill.ExprOf(src), 0, false, e)
 		}
 	}
 }
 
 func TestExamplesOfPrograms(t *testing.T) {
-	s := schemaOf(t, exampleSchema)
+	s := drill.SchemaOf(exampleSchema)
 	for _, x := range []struct {
 		src    string
 		e      api.Errno
@@ -70,13 +71,13 @@ func TestExamplesOfPrograms(t *testing.T) {
 		{"if on { n = 1; if not on { new } else { clear m } } else { x = 1 }", api.ErrField, 5},
 		{"", api.OK, 0},
 	} {
-		wantCheck(t, s, programOf(t, x.src), x.e, x.number)
-		wantCheck(t, api.Schema{}, programOf(t, x.src), api.ErrSchema, 0)
+		wantCheck(t, s, drill.ProgramOf(x.src), x.e, x.number)
+		wantCheck(t, api.Schema{}, drill.ProgramOf(x.src), api.ErrSchema, 0)
 	}
 }
 
 func TestExamplesOfFields(t *testing.T) {
-	s := schemaOf(t, exampleSchema)
-	wantFields(t, s, programOf(t, "if has tag { n = n + (m ?? 0) } else { m += 1; clear tag }"), []string{"n", "m", "tag"}, []string{"n", "m", "tag"}, api.OK)
-	wantFields(t, s, programOf(t, "on = here; new"), nil, []string{"on"}, api.OK)
+	s := drill.SchemaOf(exampleSchema)
+	wantFields(t, s, drill.ProgramOf("if has tag { n = n + (m ?? 0) } else { m += 1; clear tag }"), []string{"n", "m", "tag"}, []string{"n", "m", "tag"}, api.OK)
+	wantFields(t, s, drill.ProgramOf("on = here; new"), nil, []string{"on"}, api.OK)
 }

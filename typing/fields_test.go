@@ -17,7 +17,7 @@ func wantFieldsRefused(t *testing.T, s api.Schema, p []api.Stmt, errno api.Errno
 	t.Helper()
 	r, w, got := typing.Fields(s, p)
 	if got != errno || errno != api.OK && len(r)+len(w) > 0 {
-		t.Fatalf("Fields of %s = %v, %v, %d, want the error %d", shownProgram(p), r, w, got, errno)
+		t.Fatalf("Fields of %s = %v, %v, %d, want the error %d", drill.Shown(p), r, w, got, errno)
 	}
 }
 
@@ -54,7 +54,7 @@ func bookFields(s api.Schema, tokens []api.Token) (reads, writes []string) {
 // wantBookFields: Fields answers what the tokens of the program's text tell.
 func wantBookFields(t *testing.T, s api.Schema, p []api.Stmt) bool {
 	t.Helper()
-	tokens, e, _ := lexer.Lex(shownProgram(p))
+	tokens, e, _ := lexer.Lex(drill.Shown(p))
 	if e != api.OK {
 		return false
 	}
@@ -65,7 +65,7 @@ func wantBookFields(t *testing.T, s api.Schema, p []api.Stmt) bool {
 
 // P9.3: every statement that fits, and what does not fit has Check's error.
 func TestFieldsOfEveryStmt(t *testing.T) {
-	for _, s := range schemas(t) {
+	for _, s := range drill.Schemas() {
 		for _, st := range everyStmt(s) {
 			p := []api.Stmt{st}
 			if errno, _ := bookCheck(s, p); errno != api.OK {
@@ -73,30 +73,30 @@ func TestFieldsOfEveryStmt(t *testing.T) {
 				continue
 			}
 			wantBookFields(t, s, p)
-			wantBookFields(t, s, []api.Stmt{choice(here(), p, nil)})
-			wantBookFields(t, s, []api.Stmt{choice(here(), nil, p)})
+			wantBookFields(t, s, []api.Stmt{drill.Choice(drill.Here(), p, nil)})
+			wantBookFields(t, s, []api.Stmt{drill.Choice(drill.Here(), nil, p)})
 		}
 	}
 }
 
 // P9.3: every two statements out of some, one behind the other and in the blocks of an if.
 func TestFieldsOfEveryPair(t *testing.T) {
-	s := schemaOf(t, exampleSchema)
+	s := drill.SchemaOf(exampleSchema)
 	var list [][]api.Stmt
 	for src := range strings.SplitSeq("new; delete; n = 1; n = n; n = m ?? n; m = m; n += 1; m min= n; m max= 2; clear m; clear tag; on = has m; on = here; tag = cat(tag ?? \"m\", \"n\"); if on { }; if has tag { n = 1 }", "; ") {
-		list = append(list, programOf(t, src))
+		list = append(list, drill.ProgramOf(src))
 	}
 	drill.Scripts(list, 2, func(script [][]api.Stmt) {
 		wantBookFields(t, s, append(append([]api.Stmt{}, script[0]...), script[1]...))
-		wantBookFields(t, s, []api.Stmt{choice(field("on"), script[0], script[1])})
-		wantBookFields(t, s, []api.Stmt{choice(here(), script[1], []api.Stmt{choice(here(), script[0], nil)})})
+		wantBookFields(t, s, []api.Stmt{drill.Choice(drill.Field("on"), script[0], script[1])})
+		wantBookFields(t, s, []api.Stmt{drill.Choice(drill.Here(), script[1], []api.Stmt{drill.Choice(drill.Here(), script[0], nil)})})
 	})
 }
 
 // P9.3: names come in the schema's order, whatever the program's is.
 func TestFieldsAreInTheSchemasOrder(t *testing.T) {
 	texts := []string{"n:int", "m:int?", "on:bool", "tag:bytes?"}
-	p := programOf(t, `tag = tag; m = n + 1; if on or has m { on = here } else { clear m; n += m ?? len(tag ?? "") }`)
+	p := drill.ProgramOf(`tag = tag; m = n + 1; if on or has m { on = here } else { clear m; n += m ?? len(tag ?? "") }`)
 	orders := 0
 	drill.Scripts(texts, len(texts), func(script []string) {
 		s, e := value.ParseSchema(strings.Join(script, ","))
@@ -119,10 +119,11 @@ func TestFieldsAreInTheSchemasOrder(t *testing.T) {
 // P9.3: programs of all kinds that fit.
 func TestFieldsOfDeepPrograms(t *testing.T) {
 	numbers := drill.Numbers(93)
-	for _, s := range schemas(t) {
+	for _, s := range drill.Schemas() {
+		fitting := drill.Fitting{Schema: s, Numbers: &numbers}
 		told := 0
 		for i := range 3000 {
-			p := fittingProgram(&numbers, s, 2+i%4)
+			p := fitting.Program(2 + i%4)
 			if syntax.Check(p) == api.OK && wantBookFields(t, s, p) {
 				told++
 			}

@@ -12,13 +12,14 @@ import (
 // R5: what is handed in is not changed, nor is the spare room of its lists.
 func TestArgumentsAreNotChanged(t *testing.T) {
 	numbers := drill.Numbers(95)
-	for _, s := range schemas(t) {
+	for _, s := range drill.Schemas() {
+		fitting := drill.Fitting{Schema: s, Numbers: &numbers}
 		fields := append(slices.Clone(s.Fields), api.Field{Name: "spare"})
 		given := api.Schema{Fields: fields[:len(s.Fields)]}
 		for i := range 500 {
-			p := fittingProgram(&numbers, s, 4)
+			p := fitting.Program(4)
 			if exprs, _ := drill.Parts(p); i%2 == 0 && len(exprs) > 0 {
-				spoil(&numbers, s, pickOne(&numbers, exprs))
+				fitting.Spoil(drill.Pick(&numbers, exprs))
 			}
 			copied := drill.Copied(p)
 			typing.Check(given, copied)
@@ -40,8 +41,8 @@ func TestArgumentsAreNotChanged(t *testing.T) {
 
 // R5: no two lists of names share memory, in one answer or in two, spare room too.
 func TestAnswersShareNothing(t *testing.T) {
-	s := schemaOf(t, exampleSchema)
-	p := programOf(t, "n += m ?? 1; clear tag; on = has tag")
+	s := drill.SchemaOf(exampleSchema)
+	p := drill.ProgramOf("n += m ?? 1; clear tag; on = has tag")
 	reads, writes, _ := typing.Fields(s, p)
 	otherReads, otherWrites, _ := typing.Fields(s, p)
 	seen := map[*string]int{}
@@ -67,29 +68,29 @@ func TestAnswersShareNothing(t *testing.T) {
 
 // R6: an answer hangs on its own schema alone, whatever was asked before, and refused.
 func TestCallsKnowNothingOfOneAnother(t *testing.T) {
-	ints, bytes := schemaOf(t, "n:int,m:int?"), schemaOf(t, "m:bytes,n:bytes?")
+	ints, bytes := drill.SchemaOf("n:int,m:int?"), drill.SchemaOf("m:bytes,n:bytes?")
 	for range 3 {
-		wantType(t, ints, field("n"), api.Int, false, api.OK)
-		wantType(t, bytes, field("n"), api.Bytes, true, api.OK)
-		wantType(t, api.Schema{}, field("n"), 0, false, api.ErrSchema)
-		wantCheck(t, ints, programOf(t, "n += m ?? 1"), api.OK, 0)
-		wantCheck(t, bytes, programOf(t, "n += m ?? 1"), api.ErrOptional, 0)
-		wantFields(t, ints, programOf(t, "m = n"), []string{"n"}, []string{"m"}, api.OK)
-		wantFields(t, bytes, programOf(t, "n = m"), []string{"m"}, []string{"n"}, api.OK)
-		wantFields(t, bytes, programOf(t, "m = n"), nil, nil, api.ErrOptional)
+		wantType(t, ints, drill.Field("n"), api.Int, false, api.OK)
+		wantType(t, bytes, drill.Field("n"), api.Bytes, true, api.OK)
+		wantType(t, api.Schema{}, drill.Field("n"), 0, false, api.ErrSchema)
+		wantCheck(t, ints, drill.ProgramOf("n += m ?? 1"), api.OK, 0)
+		wantCheck(t, bytes, drill.ProgramOf("n += m ?? 1"), api.ErrOptional, 0)
+		wantFields(t, ints, drill.ProgramOf("m = n"), []string{"n"}, []string{"m"}, api.OK)
+		wantFields(t, bytes, drill.ProgramOf("n = m"), []string{"m"}, []string{"n"}, api.OK)
+		wantFields(t, bytes, drill.ProgramOf("m = n"), nil, nil, api.ErrOptional)
 	}
 }
 
 // R4: a list that is nil and one without elements are the same.
 func TestEmptyListsAreNone(t *testing.T) {
-	s := schemaOf(t, exampleSchema)
+	s := drill.SchemaOf(exampleSchema)
 	bare := api.Expr{Op: api.EHere, Kids: []api.Expr{}}
 	wantType(t, s, bare, api.Bool, false, api.OK)
 	for _, p := range [][]api.Stmt{
 		nil,
 		{},
 		{{Op: api.SNew, Exprs: []api.Expr{}, Then: []api.Stmt{}, Else: []api.Stmt{}}},
-		{choice(bare, []api.Stmt{}, nil), choice(bare, nil, []api.Stmt{})},
+		{drill.Choice(bare, []api.Stmt{}, nil), drill.Choice(bare, nil, []api.Stmt{})},
 	} {
 		wantCheck(t, s, p, api.OK, 0)
 		wantFields(t, s, p, nil, nil, api.OK)

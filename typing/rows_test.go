@@ -7,7 +7,6 @@ import (
 	"arbor/api"
 	"arbor/drill"
 	"arbor/typing"
-	"arbor/value"
 )
 
 // P9.4 knows nothing of types: an expression is gone through with the values of a row, and goes wrong or does not.
@@ -135,33 +134,6 @@ func worked(op int, kids []api.Value) (api.Value, bool) {
 	panic("no such operation")
 }
 
-// recordsOf: records of a schema: with each choice of optional fields that are present, and values of several sizes. The first one has all of them, the last one none.
-func recordsOf(t *testing.T, s api.Schema) [][]api.Value {
-	t.Helper()
-	var records [][]api.Value
-	drill.Scripts([]bool{true, false}, len(s.Fields), func(present []bool) {
-		for size := range 3 {
-			var record []api.Value
-			for i, f := range s.Fields {
-				if f.Optional && !present[i] {
-					record = append(record, api.Value{})
-					continue
-				}
-				record = append(record, [][]api.Value{
-					api.Int:   {{Kind: api.Int}, {Kind: api.Int, N: 7}, {Kind: api.Int, N: -1 << 63}},
-					api.Bool:  {{Kind: api.Bool}, {Kind: api.Bool, N: 1}, {Kind: api.Bool}},
-					api.Bytes: {{Kind: api.Bytes}, {Kind: api.Bytes, S: "a"}, {Kind: api.Bytes, S: strings.Repeat("z", api.MaxBytes)}},
-				}[f.Type][size])
-			}
-			if e := value.Check(s, record); e != api.OK {
-				t.Fatalf("no record: %+v", record)
-			}
-			records = append(records, record)
-		}
-	})
-	return records
-}
-
 // wantRows: Type says what P9.4 says of going through an expression.
 func wantRows(t *testing.T, s api.Schema, records [][]api.Value, e api.Expr) {
 	t.Helper()
@@ -169,25 +141,25 @@ func wantRows(t *testing.T, s api.Schema, records [][]api.Value, e api.Expr) {
 	bare, alsoRight := worth(s, records[len(records)-1], e)
 	of, optional, errno := typing.Type(s, e)
 	if (errno == api.OK) != (right && alsoRight) {
-		t.Fatalf("Type of %s = %d, but going through it is right: %v with all fields, %v with none", shown(e), errno, right, alsoRight)
+		t.Fatalf("Type of %s = %d, but going through it is right: %v with all fields, %v with none", drill.ShownExpr(e), errno, right, alsoRight)
 	}
 	if errno != api.OK {
 		return
 	}
 	if of != full.Kind || optional != (bare.Kind == api.None) {
-		t.Fatalf("Type of %s = %d, %v, but it is worth %+v with all fields, %+v with none", shown(e), of, optional, full, bare)
+		t.Fatalf("Type of %s = %d, %v, but it is worth %+v with all fields, %+v with none", drill.ShownExpr(e), of, optional, full, bare)
 	}
 	for _, record := range records {
 		if v, right := worth(s, record, e); !right || v.Kind != of && (v.Kind != api.None || !optional) {
-			t.Fatalf("Type of %s = %d, %v, but it is worth %+v, %v on %+v", shown(e), of, optional, v, right, record)
+			t.Fatalf("Type of %s = %d, %v, but it is worth %+v, %v on %+v", drill.ShownExpr(e), of, optional, v, right, record)
 		}
 	}
 }
 
 // P9.4: every short expression, and every operation over every kind of kid.
 func TestNothingGoesWrongInWhatFits(t *testing.T) {
-	for _, s := range schemas(t) {
-		records := recordsOf(t, s)
+	for _, s := range drill.Schemas() {
+		records := drill.Records(s)
 		for _, leaf := range leavesOf(s) {
 			wantRows(t, s, records, leaf)
 		}
@@ -199,12 +171,13 @@ func TestNothingGoesWrongInWhatFits(t *testing.T) {
 // P9.4: deep expressions, and those that are one part away from them.
 func TestNothingGoesWrongDeepInside(t *testing.T) {
 	numbers := drill.Numbers(94)
-	for _, s := range schemas(t) {
-		records := recordsOf(t, s)
+	for _, s := range drill.Schemas() {
+		fitting := drill.Fitting{Schema: s, Numbers: &numbers}
+		records := drill.Records(s)
 		for i := range 1000 {
-			list := []api.Expr{fitting(&numbers, s, pickOne(&numbers, []string{"Int", "Bool", "Bytes"}), 2+i%6)}
+			list := []api.Expr{fitting.Expr(1+i%3, 2+i%6)}
 			wantRows(t, s, records, list[0])
-			spoil(&numbers, s, pickOne(&numbers, drill.ExprParts(list)))
+			fitting.Spoil(drill.Pick(&numbers, drill.ExprParts(list)))
 			wantRows(t, s, records, list[0])
 		}
 	}
