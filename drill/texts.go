@@ -1,6 +1,10 @@
 package drill
 
 import (
+	"slices"
+	"strconv"
+	"strings"
+
 	"arbor/api"
 	"arbor/syntax"
 	"arbor/value"
@@ -44,6 +48,39 @@ func ProgramOf(src string) []api.Stmt {
 	return p
 }
 
+// insWords: of the instructions, by number from 1 on.
+const insWords = "push true false bytes load has here not neg add sub mul min max lt le eq len cat store addto clear new delete jump unless"
+
+// CodeOf: the instructions of a text, with ; between each two. Behind an instruction's word stands its number or its bytes as a literal (without a ; in it): of a jump how many instructions are passed over.
+func CodeOf(text string) []api.Ins {
+	var is []api.Ins
+	if text == "" {
+		return is
+	}
+	for piece := range strings.SplitSeq(text, ";") {
+		is = append(is, insOf(strings.TrimSpace(piece)))
+	}
+	return is
+}
+
+func insOf(text string) api.Ins {
+	word, operand, _ := strings.Cut(text, " ")
+	ins := api.Ins{Op: 1 + slices.Index(strings.Fields(insWords), word)}
+	taken, e, err := 0, api.OK, error(nil)
+	switch {
+	case strings.HasPrefix(operand, `"`):
+		ins.S, taken, e = value.Unquote(operand)
+	case operand != "":
+		ins.N, err = strconv.ParseInt(operand, 10, 64)
+		taken = len(operand)
+	}
+	if ins.Op == 0 || err != nil || taken != len(operand) {
+		e = api.ErrCode
+	}
+	must(e, "instruction", text)
+	return ins
+}
+
 func must(e api.Errno, what, text string) {
 	if e != api.OK {
 		panic("drill: no " + what + ": " + text)
@@ -80,4 +117,31 @@ func ShownExpr(e api.Expr) string {
 		return "no expression"
 	}
 	return text
+}
+
+// ShownCode: what CodeOf is given; of instructions that may not be, too, all that they are.
+func ShownCode(is []api.Ins) string {
+	list := strings.Fields(insWords)
+	pieces := make([]string, len(is))
+	for at, ins := range is {
+		pieces[at] = "operation " + strconv.Itoa(ins.Op)
+		if 1 <= ins.Op && ins.Op <= len(list) {
+			pieces[at] = list[ins.Op-1]
+		}
+		if ins.N != 0 || operandIsNumber(ins.Op) {
+			pieces[at] += " " + strconv.FormatInt(ins.N, 10)
+		}
+		if ins.S != "" || ins.Op == api.IBytes {
+			pieces[at] += " " + value.Quote(ins.S)
+		}
+	}
+	return strings.Join(pieces, "; ")
+}
+
+func operandIsNumber(op int) bool {
+	switch op {
+	case api.IPush, api.ILoad, api.IHas, api.IStore, api.IAddTo, api.IClear, api.IJump, api.IUnless:
+		return true
+	}
+	return false
 }
