@@ -1,4 +1,4 @@
-// Package drill: what the tests of several layers are made of: every short script, every choice of surviving writes, numbers for long scripts; trees and codes, and those that fit a schema; texts.
+// Package drill: what the tests of several layers are made of: every short script, every choice of surviving writes, numbers for long scripts; trees and codes, and those that fit a schema; a stand-in for the machine; texts.
 package drill
 
 // Scripts: each list of so many steps is handed on, the same memory each time.
