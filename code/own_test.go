@@ -12,16 +12,6 @@ import (
 
 var spare = api.Ins{Op: 77, N: 77, S: "spare"}
 
-// roomy: the same code in other memory, with marked room behind it.
-func roomy(is []api.Ins) []api.Ins {
-	return append(slices.Clone(is), spare)[:len(is)]
-}
-
-// asItWas: is what roomy gave still the same as the code that it was given?
-func asItWas(given, is []api.Ins) bool {
-	return slices.Equal(given, is) && given[:len(given)+1][len(given)] == spare
-}
-
 // someCodes: right ones and wrong ones, of a schema.
 func someCodes(fitting drill.Fitting, each func(is []api.Ins)) {
 	for i := range 1000 {
@@ -40,12 +30,12 @@ func TestArgumentsAreNotChanged(t *testing.T) {
 		fields := append(slices.Clone(s.Fields), api.Field{Name: "spare"})
 		given := api.Schema{Fields: fields[:len(s.Fields)]}
 		someCodes(drill.Fitting{Schema: s, Numbers: &numbers}, func(is []api.Ins) {
-			in := roomy(is)
+			in := drill.Roomy(is, spare)
 			b, _ := code.Encode(in...)
 			code.List(in...)
 			code.Verify(given, in...)
 			code.Types(given, in...)
-			if !asItWas(in, is) {
+			if !drill.AsItWas(in, is, spare) {
 				t.Fatalf("a code was changed: %s, it was %s", shown(in[:len(in)+1]), shown(is))
 			}
 			if !slices.Equal(given.Fields, s.Fields) || fields[len(s.Fields)] != (api.Field{Name: "spare"}) {
@@ -60,27 +50,6 @@ func TestArgumentsAreNotChanged(t *testing.T) {
 	}
 }
 
-// shares: do two lists, with their spare room, have a place in common?
-func shares[Part any](a, b []Part) bool {
-	a, b = a[:cap(a)], b[:cap(b)]
-	for i := range a {
-		for j := range b {
-			if &a[i] == &b[j] {
-				return true
-			}
-		}
-	}
-	return false
-}
-
-// overwrite: every place of a list, its spare room too.
-func overwrite[Part any](list []Part, with Part) {
-	list = list[:cap(list)]
-	for i := range list {
-		list[i] = with
-	}
-}
-
 // P11.6, R5: answers are new memory: what is done to one is seen in no other, and what is done to an argument in no answer.
 func TestAnswersShareNothing(t *testing.T) {
 	numbers := drill.Numbers(120)
@@ -90,19 +59,19 @@ func TestAnswersShareNothing(t *testing.T) {
 			if e != api.OK {
 				return
 			}
-			in := roomy(is)
+			in := drill.Roomy(is, spare)
 			first, _ := code.Encode(in...)
 			second, _ := code.Encode(in...)
 			raw := slices.Clone(want)
 			one, _ := code.Decode(raw)
 			other, _ := code.Decode(raw)
-			if shares(first, second) || shares(one, other) || shares(one, in) || shares(first, raw) {
+			if drill.Shares(first, second) || drill.Shares(one, other) || drill.Shares(one, in) || drill.Shares(first, raw) {
 				t.Fatalf("%s: two lists share memory", shown(is))
 			}
-			overwrite(in, spare)
-			overwrite(second, 0x77)
-			overwrite(raw, 0x77)
-			overwrite(other, spare)
+			drill.Overwrite(in, spare)
+			drill.Overwrite(second, 0x77)
+			drill.Overwrite(raw, 0x77)
+			drill.Overwrite(other, spare)
 			if !bytes.Equal(first, want) || !slices.Equal(one, is) {
 				t.Fatalf("%s: what was done to one list is seen in another: % x, %s", shown(is), first, shown(one))
 			}
@@ -118,11 +87,11 @@ func TestTypesShareNothing(t *testing.T) {
 		fields := slices.Clone(s.Fields)
 		first, _ := code.Types(api.Schema{Fields: fields}, is...)
 		second, _ := code.Types(api.Schema{Fields: fields}, is...)
-		if shares(first, second) {
+		if drill.Shares(first, second) {
 			t.Fatalf("%s: two lists share memory", shown(is))
 		}
-		overwrite(second, "spare")
-		overwrite(fields, api.Field{Name: "spare"})
+		drill.Overwrite(second, "spare")
+		drill.Overwrite(fields, api.Field{Name: "spare"})
 		if want, _, _, _ := bookLook(s, is); !slices.Equal(first, want) {
 			t.Fatalf("%s: what was done to one list is seen in another: %q", shown(is), first)
 		}

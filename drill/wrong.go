@@ -27,7 +27,7 @@ func WrongSchemas() []api.Schema {
 	}
 }
 
-// Wrong: what syntax refuses, and its error.
+// Wrong: what a layer refuses, and its error.
 type Wrong[Part any] struct {
 	Part  Part
 	Errno api.Errno

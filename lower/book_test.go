@@ -266,10 +266,6 @@ func rowsFor(fitting drill.Fitting, more int) []api.Row {
 	return rows
 }
 
-func sameRow(a, b api.Row) bool {
-	return a.Here == b.Here && slices.Equal(a.Vals, b.Vals)
-}
-
 // What the tests ask.
 
 func wantPlain(t *testing.T, s api.Schema, p []api.Stmt) []api.Ins {
@@ -287,7 +283,7 @@ func wantMeaning(t *testing.T, s api.Schema, p []api.Stmt, is []api.Ins, rows []
 	t.Helper()
 	for _, row := range rows {
 		want, e := meaning.Run(s, p, row)
-		if got := drill.Play(s, is, row); !sameRow(got, want) || e != api.OK {
+		if got := drill.Play(s, is, row); !drill.SameRow(got, want) || e != api.OK {
 			t.Fatalf("%s, as %s, makes of %s: %s, want %s, %d", drill.Shown(p), drill.ShownCode(is), drill.ShownRow(s, row), drill.ShownRow(s, got), drill.ShownRow(s, want), e)
 		}
 	}
@@ -347,7 +343,7 @@ func wantPeephole(t *testing.T, s api.Schema, is []api.Ins, rows []api.Row) []ap
 		t.Fatalf("Peephole(%s) = %s: %d deep, %d bytes, it was %d deep, %d bytes", drill.ShownCode(is), drill.ShownCode(got), d, bookSize(got), deep, bookSize(is))
 	}
 	for _, row := range rows {
-		if now, was := drill.Play(s, got, row), drill.Play(s, is, row); !sameRow(now, was) {
+		if now, was := drill.Play(s, got, row), drill.Play(s, is, row); !drill.SameRow(now, was) {
 			t.Fatalf("Peephole(%s) = %s, which makes of %s: %s, it was %s", drill.ShownCode(is), drill.ShownCode(got), drill.ShownRow(s, row), drill.ShownRow(s, now), drill.ShownRow(s, was))
 		}
 	}

@@ -14,16 +14,6 @@ import (
 
 var spare = api.Ins{Op: 77, N: 77, S: "spare"}
 
-// roomy: the same code in other memory, with marked room behind it.
-func roomy(is []api.Ins) []api.Ins {
-	return append(slices.Clone(is), spare)[:len(is)]
-}
-
-// asItWas: is what roomy gave still the same as the code that it was given?
-func asItWas(given, is []api.Ins) bool {
-	return slices.Equal(given, is) && given[:len(given)+1][len(given)] == spare
-}
-
 // R5: schemas, programs, expressions and codes that are handed in are not changed, nor is the spare room of their lists.
 func TestArgumentsAreNotChanged(t *testing.T) {
 	numbers := drill.Numbers(130)
@@ -49,9 +39,9 @@ func TestArgumentsAreNotChanged(t *testing.T) {
 				t.Fatalf("a program was changed: %+v, it was %+v", copied, p)
 			}
 			for _, is := range [][]api.Ins{is, fitting.Code(2 + i%4), drill.CodeOf("push 1; addto 3; push 2; addto 3"), drill.CodeOf("jump 1; new; here; not; not; unless 0")} {
-				in := roomy(is)
+				in := drill.Roomy(is, spare)
 				lower.Peephole(given, in...)
-				if !asItWas(in, is) {
+				if !drill.AsItWas(in, is, spare) {
 					t.Fatalf("a code was changed: %s, it was %s", drill.ShownCode(in[:len(in)+1]), drill.ShownCode(is))
 				}
 			}
@@ -59,27 +49,6 @@ func TestArgumentsAreNotChanged(t *testing.T) {
 				t.Fatalf("a schema was changed: %+v, it was %+v", fields, s.Fields)
 			}
 		}
-	}
-}
-
-// shares: do two lists, with their spare room, have a place in common?
-func shares[Part any](a, b []Part) bool {
-	a, b = a[:cap(a)], b[:cap(b)]
-	for i := range a {
-		for j := range b {
-			if &a[i] == &b[j] {
-				return true
-			}
-		}
-	}
-	return false
-}
-
-// overwrite: every place of a list, its spare room too.
-func overwrite[Part any](list []Part, with Part) {
-	list = list[:cap(list)]
-	for i := range list {
-		list[i] = with
 	}
 }
 
@@ -97,7 +66,7 @@ func TestCodesShareNothing(t *testing.T) {
 			plain, _ := lower.Plain(s, p)
 			again, _ := lower.Plain(s, p)
 			lowered, _ := lower.Lower(s, p)
-			in := roomy(plain)
+			in := drill.Roomy(plain, spare)
 			short, _ := lower.Peephole(s, in...)
 			shorter, _ := lower.Peephole(s, short...)
 			first, _, _ := lower.Compile(s, src)
@@ -105,20 +74,20 @@ func TestCodesShareNothing(t *testing.T) {
 			lists := [][]api.Ins{plain, again, lowered, in, short, shorter}
 			for j, list := range lists {
 				for _, other := range lists[:j] {
-					if shares(list, other) {
+					if drill.Shares(list, other) {
 						t.Fatalf("%s: two codes share memory", src)
 					}
 				}
 			}
-			if shares(first, second) {
+			if drill.Shares(first, second) {
 				t.Fatalf("%s: two answers share memory", src)
 			}
 			want := slices.Clone(first)
-			overwrite(in, spare)
-			overwrite(again, spare)
-			overwrite(lowered, spare)
-			overwrite(short, spare)
-			overwrite(second, 0x77)
+			drill.Overwrite(in, spare)
+			drill.Overwrite(again, spare)
+			drill.Overwrite(lowered, spare)
+			drill.Overwrite(short, spare)
+			drill.Overwrite(second, 0x77)
 			if now, _, _ := lower.Compile(s, src); !slices.Equal(plain, bookPlain(s, p)) || !bytes.Equal(first, want) || !bytes.Equal(now, want) || bookSlack(s, shorter) != "" {
 				t.Fatalf("%s: what was done to one list is seen in another", src)
 			}
@@ -148,13 +117,13 @@ func TestExpressionsShareNothing(t *testing.T) {
 			all := slices.Concat(lists(first), lists(second))
 			for j, list := range all {
 				for _, other := range slices.Concat(all[:j], lists(e)) {
-					if shares(list, other) {
+					if drill.Shares(list, other) {
 						t.Fatalf("Fold(%s) = %s: two lists share memory", drill.ShownExpr(e), want)
 					}
 				}
 			}
 			for _, list := range slices.Concat(lists(second), lists(e)) {
-				overwrite(list, drill.Here())
+				drill.Overwrite(list, drill.Here())
 			}
 			if got := drill.ShownExpr(first); got != want {
 				t.Fatalf("Fold: %s became %s", want, got)
@@ -163,7 +132,7 @@ func TestExpressionsShareNothing(t *testing.T) {
 	}
 	sum := drill.ExprOf("n + 1")
 	got, e := lower.Fold(drill.SchemaOf(exampleSchema), drill.Tree(api.EMul, sum, sum))
-	if e != api.OK || len(got.Kids) == 2 && shares(got.Kids[0].Kids, got.Kids[1].Kids) {
+	if e != api.OK || len(got.Kids) == 2 && drill.Shares(got.Kids[0].Kids, got.Kids[1].Kids) {
 		t.Errorf("Fold of what shares within itself = %s, %d", drill.ShownExpr(got), e)
 	}
 }

@@ -221,12 +221,8 @@ func firstBytes(text string, most int) string {
 	return text
 }
 
-func sameRow(a, b api.Row) bool {
-	return a.Here == b.Here && slices.Equal(a.Vals, b.Vals)
-}
-
 func sameOutcome(a, b api.Outcome) bool {
-	return sameRow(a.Row, b.Row) && a.Steps == b.Steps && a.Deep == b.Deep
+	return drill.SameRow(a.Row, b.Row) && a.Steps == b.Steps && a.Deep == b.Deep
 }
 
 // wantRun: of a code that may be run, and a row of the schema: Run, Exec and Trace say what the book says, and keep to the bounds (P13.1 to P13.4).
@@ -243,7 +239,7 @@ func wantRun(t *testing.T, s api.Schema, is []api.Ins, row api.Row) api.Outcome 
 		t.Fatalf("Trace(%s) on %s = %+v, %d, want %+v", drill.ShownCode(is), drill.ShownRow(s, row), steps, e, m.steps)
 	}
 	b, _ := code.Encode(is...)
-	if end, e := machine.Exec(s, b, row); e != api.OK || !sameRow(end, want.Row) {
+	if end, e := machine.Exec(s, b, row); e != api.OK || !drill.SameRow(end, want.Row) {
 		t.Fatalf("Exec(%s) on %s = %+v, %d, want %+v", drill.ShownCode(is), drill.ShownRow(s, row), end, e, want.Row)
 	}
 	wantBounds(t, s, is, got, steps)
@@ -293,23 +289,14 @@ func wantError(t *testing.T, s api.Schema, is []api.Ins, row api.Row, want api.E
 
 func wantExecError(t *testing.T, s api.Schema, b []byte, row api.Row, want api.Errno) {
 	t.Helper()
-	if end, e := machine.Exec(s, b, row); e != want || !sameRow(end, api.Row{}) {
+	if end, e := machine.Exec(s, b, row); e != want || !drill.SameRow(end, api.Row{}) {
 		t.Fatalf("Exec(% x) on %+v = %+v, %d, want %d", b, row, end, e, want)
 	}
 }
 
-// rowsOf: no record, and some of a schema.
-func rowsOf(s api.Schema) []api.Row {
-	rows := []api.Row{{}}
-	for _, record := range drill.Records(s) {
-		rows = append(rows, api.Row{Here: true, Vals: record})
-	}
-	return rows
-}
-
 // fewRows: no record, the fullest and the emptiest one, and one between.
 func fewRows(s api.Schema) []api.Row {
-	rows := rowsOf(s)
+	rows := drill.Rows(s)
 	return []api.Row{rows[0], rows[2], rows[len(rows)/2], rows[len(rows)-1]}
 }
 

@@ -11,43 +11,10 @@ import (
 	"arbor/drill"
 )
 
-// wrongRows: none of them is a row of the schema.
-func wrongRows(s api.Schema) []api.Row {
-	record := drill.Records(s)[0]
-	rows := []api.Row{{Here: true}, {Vals: record}, {Vals: make([]api.Value, 1)}, {Vals: make([]api.Value, len(record))}}
-	rows = append(rows, api.Row{Here: true, Vals: record[:len(record)-1]})
-	rows = append(rows, api.Row{Here: true, Vals: append(slices.Clone(record), api.Value{})})
-	rows = append(rows, api.Row{Here: true, Vals: make([]api.Value, 100000)})
-	for i := range record {
-		for _, v := range wrongValues(s.Fields[i]) {
-			vals := slices.Clone(record)
-			vals[i] = v
-			rows = append(rows, api.Row{Here: true, Vals: vals})
-		}
-	}
-	return rows
-}
-
-// wrongValues: they fit no such field.
-func wrongValues(f api.Field) []api.Value {
-	list := []api.Value{{Kind: -1}, {Kind: 4}, {Kind: math.MaxInt}, {Kind: math.MinInt}, {N: 1}, {S: "x"}}
-	list = append(list, api.Value{Kind: api.Int, S: "x"}, api.Value{Kind: api.Bool, N: 2}, api.Value{Kind: api.Bool, N: -1}, api.Value{Kind: api.Bool, S: "x"})
-	list = append(list, api.Value{Kind: api.Bytes, N: 1}, api.Value{Kind: api.Bytes, S: "abcdefghijklmnopqrstu"})
-	for _, of := range []int{api.Int, api.Bool, api.Bytes} {
-		if of != f.Type {
-			list = append(list, api.Value{Kind: of})
-		}
-	}
-	if !f.Optional {
-		list = append(list, api.Value{})
-	}
-	return list
-}
-
 // P13.1, P13.3: a row that is none of the schema: ErrValue, whatever right code is to be run on it, none too; P13.2 likewise.
 func TestWrongRows(t *testing.T) {
 	for _, s := range drill.Schemas() {
-		for _, row := range wrongRows(s) {
+		for _, row := range drill.WrongRows(s) {
 			for _, text := range []string{"", "new", "delete", "jump 0", "delete; new", "here; unless 1; delete"} {
 				wantError(t, s, drill.CodeOf(text), row, api.ErrValue)
 			}
@@ -67,7 +34,7 @@ func TestRowsOfAnotherSchema(t *testing.T) {
 // P13.1, P13.3: the errors of Verify come first, the schema's ahead of all, the row's last; with each the rest is zero.
 func TestOrderOfErrors(t *testing.T) {
 	s := drill.SchemaOf(exampleSchema)
-	rows := append(wrongRows(s), rowsOf(s)...)
+	rows := append(drill.WrongRows(s), drill.Rows(s)...)
 	for _, x := range []struct {
 		text string
 		e    api.Errno
@@ -126,7 +93,7 @@ func TestOrderOfErrorsOfBytes(t *testing.T) {
 		{"", api.ErrValue}, {"\x17", api.ErrValue}, {"\x01\x02\x15\x00", api.ErrValue},
 	}
 	for _, x := range notes {
-		for _, row := range wrongRows(s) {
+		for _, row := range drill.WrongRows(s) {
 			wantExecError(t, s, []byte(x.text), row, x.e)
 		}
 		for _, wrong := range drill.WrongSchemas() {
@@ -186,7 +153,7 @@ func TestAnythingGoesIn(t *testing.T) {
 	edges := []int64{math.MinInt64, -256, -1, 0, 1, 2, 7, 8, 255, 256, math.MaxInt64}
 	texts := []string{"", "x", "abcdefghijklmnopqrst", "abcdefghijklmnopqrstu"}
 	for _, s := range drill.Schemas() {
-		rows, ran := append(wrongRows(s), slices.Repeat(fewRows(s), 20)...), 0
+		rows, ran := append(drill.WrongRows(s), slices.Repeat(fewRows(s), 20)...), 0
 		for range 20000 {
 			is := make([]api.Ins, numbers.Below(6))
 			for i := range is {

@@ -113,7 +113,7 @@ func wantMeaning(t *testing.T, s api.Schema, p []api.Stmt, b []byte, row api.Row
 	t.Helper()
 	want, _ := meaning.Run(s, p, row)
 	got, e := machine.Exec(s, b, row)
-	if e != api.OK || !sameRow(got, want) {
+	if e != api.OK || !drill.SameRow(got, want) {
 		t.Fatalf("%s on %s: %+v, %d, it means %+v", drill.Shown(p), drill.ShownRow(s, row), got, e, want)
 	}
 	is, _ := code.Decode(b)
@@ -123,7 +123,7 @@ func wantMeaning(t *testing.T, s api.Schema, p []api.Stmt, b []byte, row api.Row
 // W1: likewise the plain code of every statement of a few, and their folded code.
 func TestPlainThenRun(t *testing.T) {
 	s := drill.SchemaOf(exampleSchema)
-	rows := rowsOf(s)
+	rows := drill.Rows(s)
 	for _, src := range []string{
 		"", "new", "delete", "clear m", "clear tag", "n = 1", "m = m", "m = n", "n = m ?? 7", "tag = tag", `tag = cat(tag ?? "", "y")`,
 		"n += 1", "m += -1", "n min= 3", "m min= 3", "n max= 3", "m max= 3", "on = has m and here", "on = has tag or not on",

@@ -11,16 +11,6 @@ import (
 	"arbor/machine"
 )
 
-// roomy: the same list in other memory, with marked room behind it.
-func roomy[Part any](list []Part, mark Part) []Part {
-	return append(slices.Clone(list), mark)[:len(list)]
-}
-
-// asItWas: is what roomy gave still the same as the list that it was given?
-func asItWas[Part comparable](given, list []Part, mark Part) bool {
-	return slices.Equal(given, list) && given[:len(given)+1][len(given)] == mark
-}
-
 var (
 	spareIns   = api.Ins{Op: 77, N: 77, S: "spare"}
 	spareValue = api.Value{Kind: 77, N: 77, S: "spare"}
@@ -40,36 +30,15 @@ func TestArgumentsAreNotChanged(t *testing.T) {
 			is = append(is, api.Ins{Op: api.IJump, N: 9})
 		}
 		raw, _ := code.Encode(is...)
-		fields, vals := roomy(s.Fields, spareField), roomy(row.Vals, spareValue)
-		given, in, b := api.Schema{Fields: fields}, roomy(is, spareIns), roomy(raw, spareByte)
+		fields, vals := drill.Roomy(s.Fields, spareField), drill.Roomy(row.Vals, spareValue)
+		given, in, b := api.Schema{Fields: fields}, drill.Roomy(is, spareIns), drill.Roomy(raw, spareByte)
 		machine.Run(given, in, api.Row{Here: row.Here, Vals: vals})
 		machine.Trace(given, in, api.Row{Here: row.Here, Vals: vals})
 		machine.Exec(given, b, api.Row{Here: row.Here, Vals: vals})
-		if !asItWas(fields, s.Fields, spareField) || !asItWas(vals, row.Vals, spareValue) || !asItWas(in, is, spareIns) || !asItWas(b, raw, spareByte) {
+		if !drill.AsItWas(fields, s.Fields, spareField) || !drill.AsItWas(vals, row.Vals, spareValue) || !drill.AsItWas(in, is, spareIns) || !drill.AsItWas(b, raw, spareByte) {
 			t.Fatalf("%s on %+v changed an argument: %+v, %+v, %+v, % x", drill.ShownCode(is), row, fields, vals, in, b)
 		}
 	})
-}
-
-// shares: do two lists, with their spare room, have a place in common?
-func shares[Part any](a, b []Part) bool {
-	a, b = a[:cap(a)], b[:cap(b)]
-	for i := range a {
-		for j := range b {
-			if &a[i] == &b[j] {
-				return true
-			}
-		}
-	}
-	return false
-}
-
-// overwrite: every place of a list, its spare room too.
-func overwrite[Part any](list []Part, with Part) {
-	list = list[:cap(list)]
-	for i := range list {
-		list[i] = with
-	}
 }
 
 // P13.5, R5: the row that is answered is new memory, also where nothing was to be done, and whatever made its record; so is a trace.
@@ -78,9 +47,9 @@ func TestAnswersShareNothing(t *testing.T) {
 	for _, text := range []string{"", "new", "push 1; addto 0", "here; unless 1; delete; new", "delete; new", "clear 1; load 1; store 1", "delete; new; delete; new", "load 3; delete; new; store 3"} {
 		is := drill.CodeOf(text)
 		b, _ := code.Encode(is...)
-		for _, row := range rowsOf(s) {
+		for _, row := range drill.Rows(s) {
 			want := bookRun(s, is, row)
-			vals := roomy(row.Vals, spareValue)
+			vals := drill.Roomy(row.Vals, spareValue)
 			in := api.Row{Here: row.Here, Vals: vals}
 			first, _ := machine.Run(s, is, in)
 			second, _ := machine.Run(s, is, in)
@@ -90,19 +59,19 @@ func TestAnswersShareNothing(t *testing.T) {
 			lists := [][]api.Value{vals, first.Row.Vals, second.Row.Vals, third.Vals}
 			for i, list := range lists {
 				for _, other := range lists[:i] {
-					if shares(list, other) {
+					if drill.Shares(list, other) {
 						t.Fatalf("%s on %s: two rows share memory", text, drill.ShownRow(s, row))
 					}
 				}
 			}
-			if shares(steps, again) {
+			if drill.Shares(steps, again) {
 				t.Fatalf("%s on %s: two traces share memory", text, drill.ShownRow(s, row))
 			}
-			overwrite(vals, spareValue)
-			overwrite(second.Row.Vals, spareValue)
-			overwrite(third.Vals, spareValue)
-			overwrite(again, api.Step{At: 77})
-			if !sameRow(first.Row, want.row()) || !slices.Equal(steps, want.steps) {
+			drill.Overwrite(vals, spareValue)
+			drill.Overwrite(second.Row.Vals, spareValue)
+			drill.Overwrite(third.Vals, spareValue)
+			drill.Overwrite(again, api.Step{At: 77})
+			if !drill.SameRow(first.Row, want.row()) || !slices.Equal(steps, want.steps) {
 				t.Fatalf("%s on %s: what was done to one list is seen in another: %+v, %+v", text, drill.ShownRow(s, row), first, steps)
 			}
 			wantRun(t, s, is, row)
@@ -120,10 +89,10 @@ func TestNothingIsKept(t *testing.T) {
 		o, _ := machine.Run(api.Schema{Fields: fields}, in, row)
 		end, _ := machine.Exec(api.Schema{Fields: fields}, b, row)
 		steps, _ := machine.Trace(api.Schema{Fields: fields}, in, row)
-		overwrite(fields, spareField)
-		overwrite(in, spareIns)
-		overwrite(b, spareByte)
-		if !sameRow(o.Row, want.row()) || !sameRow(end, want.row()) || !slices.Equal(steps, want.steps) {
+		drill.Overwrite(fields, spareField)
+		drill.Overwrite(in, spareIns)
+		drill.Overwrite(b, spareByte)
+		if !drill.SameRow(o.Row, want.row()) || !drill.SameRow(end, want.row()) || !slices.Equal(steps, want.steps) {
 			t.Fatalf("%s on %s: what was done to an argument is seen in an answer", drill.ShownCode(is), drill.ShownRow(s, row))
 		}
 	})
@@ -134,12 +103,12 @@ func TestCallsKnowNothingOfOneAnother(t *testing.T) {
 	ints, texts := drill.SchemaOf("n:int,m:int?"), drill.SchemaOf("n:bytes?,m:bytes")
 	is := drill.CodeOf("new; load 0; store 1")
 	for range 3 {
-		for _, row := range rowsOf(ints) {
+		for _, row := range drill.Rows(ints) {
 			wantRun(t, ints, is, row)
 			wantRun(t, ints, times(16, "push 7; addto 0"), row)
 			wantRun(t, ints, nil, row)
 		}
-		for _, row := range rowsOf(texts) {
+		for _, row := range drill.Rows(texts) {
 			wantRun(t, texts, is, row)
 		}
 		wantError(t, ints, drill.CodeOf("push 1; push 2"), api.Row{}, api.ErrStack)
@@ -163,7 +132,7 @@ func TestEmptyListsAreNone(t *testing.T) {
 		}
 	}
 	for _, none := range [][]byte{nil, {}, make([]byte, 0, 4), bytes.Repeat([]byte{1}, 3)[:0]} {
-		if end, e := machine.Exec(s, none, api.Row{}); e != api.OK || !sameRow(end, api.Row{}) {
+		if end, e := machine.Exec(s, none, api.Row{}); e != api.OK || !drill.SameRow(end, api.Row{}) {
 			t.Errorf("Exec of nothing = %+v, %d", end, e)
 		}
 	}

@@ -75,7 +75,7 @@ func TestOperationsOnValues(t *testing.T) {
 // P13.1: every leaf, stored into its field and kept apart from what comes behind.
 func TestLeavesOnValues(t *testing.T) {
 	for _, s := range drill.Schemas() {
-		for _, row := range rowsOf(s) {
+		for _, row := range drill.Rows(s) {
 			for number, f := range s.Fields {
 				for _, v := range drill.Values(f.Type) {
 					store := api.Ins{Op: api.IStore, N: int64(number)}
@@ -110,7 +110,7 @@ func fieldCodes(s api.Schema) [][]api.Ins {
 // P13.1: what names a field does what the table says of it: on every choice of fields that are present, and where there is no record; and in twos, so that each finds what each other left.
 func TestFieldsOnRows(t *testing.T) {
 	for _, s := range drill.Schemas() {
-		for _, row := range rowsOf(s) {
+		for _, row := range drill.Rows(s) {
 			drill.Scripts(fieldCodes(s), 2, func(parts [][]api.Ins) {
 				wantRun(t, s, parts[0], row)
 				wantRun(t, s, slices.Concat(parts...), row)
@@ -175,7 +175,7 @@ func TestLongCodes(t *testing.T) {
 		for range 3 {
 			row := fitting.Row()
 			got := wantRun(t, fitting.Schema, is, row)
-			if want := drill.Play(fitting.Schema, is, row); !sameRow(got.Row, want) {
+			if want := drill.Play(fitting.Schema, is, row); !drill.SameRow(got.Row, want) {
 				t.Fatalf("%s on %s: %+v, the stand-in says %+v", drill.ShownCode(is), drill.ShownRow(fitting.Schema, row), got.Row, want)
 			}
 		}
@@ -196,7 +196,7 @@ func TestHighStacks(t *testing.T) {
 		for _, ins := range slices.Backward(mixed) {
 			is = append(is, api.Ins{Op: api.IStore, N: ins.N})
 		}
-		if got := wantRun(t, s, is, row); got.Deep != height || !sameRow(got.Row, row) {
+		if got := wantRun(t, s, is, row); got.Deep != height || !drill.SameRow(got.Row, row) {
 			t.Errorf("%d high: %+v", height, got)
 		}
 	}
@@ -275,7 +275,7 @@ func TestLongestCodes(t *testing.T) {
 // P13.1: the code without instructions gives the row back, of every schema.
 func TestNoInstructions(t *testing.T) {
 	for _, s := range append(drill.Schemas(), drill.SchemaOf("a:bytes"), drill.SchemaOf("a:bool?,b:bool,c:bool,d:bool,e:bool,f:bool,g:bool,h:bool?")) {
-		for _, row := range rowsOf(s) {
+		for _, row := range drill.Rows(s) {
 			o, e := machine.Run(s, nil, row)
 			if e != api.OK || !sameOutcome(o, api.Outcome{Row: row}) {
 				t.Fatalf("Run of nothing on %+v = %+v, %d", row, o, e)
@@ -290,7 +290,7 @@ func TestTypesOfATrace(t *testing.T) {
 	s := drill.SchemaOf(exampleSchema)
 	is := drill.CodeOf(`push 1; here; bytes ""; load 3; load 1; load 2; has 3; eq; store 2; store 1; cat; len; push 0; eq; eq; store 2; store 0`)
 	want := []string{"", "i", "ib", "ibs", "ibss", "ibssi", "ibssib", "ibssibb", "ibssib", "ibssi", "ibss", "ibs", "ibi", "ibii", "ibb", "ib", "i"}
-	for _, row := range rowsOf(s) {
+	for _, row := range drill.Rows(s) {
 		steps, e := machine.Trace(s, is, row)
 		if e != api.OK || len(steps) != len(want) {
 			t.Fatalf("Trace = %+v, %d", steps, e)

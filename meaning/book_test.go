@@ -253,10 +253,6 @@ func rowOf(s api.Schema, r record) api.Row {
 
 // What the tests ask.
 
-func sameRow(a, b api.Row) bool {
-	return a.Here == b.Here && slices.Equal(a.Vals, b.Vals)
-}
-
 func wantValue(t *testing.T, s api.Schema, e api.Expr, row api.Row, want api.Value, errno api.Errno) {
 	t.Helper()
 	if got, wrong := meaning.Value(s, e, row); got != want || wrong != errno {
@@ -277,7 +273,7 @@ func wantBookValue(t *testing.T, s api.Schema, e api.Expr, row api.Row) {
 
 func wantRun(t *testing.T, s api.Schema, p []api.Stmt, row, want api.Row, errno api.Errno) {
 	t.Helper()
-	if got, wrong := meaning.Run(s, p, row); !sameRow(got, want) || wrong != errno {
+	if got, wrong := meaning.Run(s, p, row); !drill.SameRow(got, want) || wrong != errno {
 		t.Fatalf("Run of %s on %s = %s, %d, want %s, %d", drill.Shown(p), drill.ShownRow(s, row), drill.ShownRow(s, got), wrong, drill.ShownRow(s, want), errno)
 	}
 }
@@ -294,20 +290,11 @@ func wantBookRun(t *testing.T, s api.Schema, p []api.Stmt, row api.Row) {
 
 func wantChain(t *testing.T, s api.Schema, row api.Row, want api.Row, errno api.Errno, ps ...[]api.Stmt) {
 	t.Helper()
-	if got, wrong := meaning.Chain(s, row, ps...); !sameRow(got, want) || wrong != errno {
+	if got, wrong := meaning.Chain(s, row, ps...); !drill.SameRow(got, want) || wrong != errno {
 		var texts []string
 		for _, p := range ps[:min(len(ps), 5)] {
 			texts = append(texts, drill.Shown(p))
 		}
 		t.Fatalf("Chain of %d programs %q on %s = %s, %d, want %s, %d", len(ps), texts, drill.ShownRow(s, row), drill.ShownRow(s, got), wrong, drill.ShownRow(s, want), errno)
 	}
-}
-
-// rowsOf: rows of a schema of every kind, none among them.
-func rowsOf(s api.Schema) []api.Row {
-	rows := []api.Row{{}}
-	for _, r := range drill.Records(s) {
-		rows = append(rows, api.Row{Here: true, Vals: r})
-	}
-	return rows
 }

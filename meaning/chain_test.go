@@ -33,7 +33,7 @@ func TestChainIsOneRunBehindTheOther(t *testing.T) {
 // P10.3: without programs, and of programs without statements: the row itself.
 func TestChainOfNothing(t *testing.T) {
 	for _, s := range drill.Schemas() {
-		for _, row := range rowsOf(s) {
+		for _, row := range drill.Rows(s) {
 			wantChain(t, s, row, row, api.OK)
 			wantChain(t, s, row, row, api.OK, nil)
 			wantChain(t, s, row, row, api.OK, []api.Stmt{}, nil, []api.Stmt{})

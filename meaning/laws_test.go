@@ -102,7 +102,7 @@ func TestBehindDeleteAllRowsAreOne(t *testing.T) {
 
 func TestFieldsAsTheyAre(t *testing.T) {
 	for _, s := range drill.Schemas() {
-		for _, row := range rowsOf(s) {
+		for _, row := range drill.Rows(s) {
 			for place, f := range s.Fields {
 				wantRun(t, s, []api.Stmt{drill.Change(api.SSet, f.Name, drill.Field(f.Name))}, row, row, api.OK)
 				if f.Type != api.Int {

@@ -14,13 +14,12 @@ var spare = api.Value{Kind: 77, N: 77, S: "spare"}
 
 // roomy: the same row in other memory, with marked room behind its values.
 func roomy(row api.Row) api.Row {
-	vals := append(slices.Clone(row.Vals), spare)
-	return api.Row{Here: row.Here, Vals: vals[:len(row.Vals)]}
+	return api.Row{Here: row.Here, Vals: drill.Roomy(row.Vals, spare)}
 }
 
 // asItWas: is what roomy gave still the same as the row that it was given?
 func asItWas(given, row api.Row) bool {
-	return sameRow(given, row) && given.Vals[:len(given.Vals)+1][len(given.Vals)] == spare
+	return given.Here == row.Here && drill.AsItWas(given.Vals, row.Vals, spare)
 }
 
 // P10.6, R5: a row, a program, a schema that are handed in are not changed, nor is the spare room of their lists.
@@ -57,25 +56,12 @@ func TestArgumentsAreNotChanged(t *testing.T) {
 	}
 }
 
-// shares: do two lists, with their spare room, have a place in common?
-func shares(a, b []api.Value) bool {
-	a, b = a[:cap(a)], b[:cap(b)]
-	for i := range a {
-		for j := range b {
-			if &a[i] == &b[j] {
-				return true
-			}
-		}
-	}
-	return false
-}
-
 // P10.6: the row that is answered is new memory, also where nothing was to be done, and whatever made its record.
 func TestAnswersShareNothing(t *testing.T) {
 	s := drill.SchemaOf(exampleSchema)
 	for _, src := range []string{"", "new", "n += 1", "if here { } else { new }", "delete; new", "clear m; m = m", "delete; new; delete; new"} {
 		p := drill.ProgramOf(src)
-		for _, row := range rowsOf(s) {
+		for _, row := range drill.Rows(s) {
 			in := roomy(row)
 			first, _ := meaning.Run(s, p, in)
 			second, _ := meaning.Run(s, p, in)
@@ -85,18 +71,14 @@ func TestAnswersShareNothing(t *testing.T) {
 			lists := [][]api.Value{in.Vals, first.Vals, second.Vals, third.Vals, fourth.Vals}
 			for i, list := range lists {
 				for _, other := range lists[:i] {
-					if shares(list, other) {
+					if drill.Shares(list, other) {
 						t.Fatalf("%s on %s: two rows share memory", src, drill.ShownRow(s, row))
 					}
 				}
 			}
-			for i := range in.Vals {
-				in.Vals[i] = spare
-			}
-			for i := range second.Vals[:cap(second.Vals)] {
-				second.Vals[:cap(second.Vals)][i] = spare
-			}
-			if !sameRow(first, want) || !sameRow(third, want) || !sameRow(fourth, row) {
+			drill.Overwrite(in.Vals, spare)
+			drill.Overwrite(second.Vals, spare)
+			if !drill.SameRow(first, want) || !drill.SameRow(third, want) || !drill.SameRow(fourth, row) {
 				t.Fatalf("%s on %s: what was done to one row is seen in another", src, drill.ShownRow(s, row))
 			}
 			wantRun(t, s, p, row, want, api.OK)

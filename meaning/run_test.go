@@ -58,7 +58,7 @@ func everyStmt(s api.Schema) []api.Stmt {
 // P10.2: every statement on rows of every kind.
 func TestRunOfEveryStmt(t *testing.T) {
 	for _, s := range drill.Schemas() {
-		rows := rowsOf(s)
+		rows := drill.Rows(s)
 		for _, st := range everyStmt(s) {
 			for _, row := range rows {
 				wantBookRun(t, s, []api.Stmt{st}, row)
@@ -93,7 +93,7 @@ func TestOptionalFieldsIntoOthers(t *testing.T) {
 		if len(s.Fields) > 2 {
 			p = drill.ProgramOf("a = b; b = c; c = a")
 		}
-		for _, row := range rowsOf(s) {
+		for _, row := range drill.Rows(s) {
 			wantBookRun(t, s, p, row)
 			wantBookRun(t, s, p[:1], row)
 		}

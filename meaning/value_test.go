@@ -2,7 +2,6 @@ package meaning_test
 
 import (
 	"slices"
-	"strings"
 	"testing"
 
 	"arbor/api"
@@ -81,7 +80,7 @@ func TestValueOfEveryLeaf(t *testing.T) {
 				leaves = append(leaves, api.Expr{Op: api.EHas, S: f.Name})
 			}
 		}
-		for _, row := range rowsOf(s) {
+		for _, row := range drill.Rows(s) {
 			for _, leaf := range leaves {
 				wantBookValue(t, s, leaf, row)
 			}
@@ -223,38 +222,10 @@ func TestErrorsOfValueAreThoseOfType(t *testing.T) {
 	}
 }
 
-// wrongRows: none of them is a row of the schema, which has at least two fields.
-func wrongRows(s api.Schema) []api.Row {
-	zero := value.Zero(s)
-	rows := []api.Row{
-		{Here: true}, {Here: true, Vals: []api.Value{}}, {Vals: zero}, {Vals: zero[:1]}, {Vals: []api.Value{{}}},
-		{Here: true, Vals: zero[1:]}, {Here: true, Vals: zero[:len(zero)-1]}, {Here: true, Vals: append(slices.Clone(zero), api.Value{})},
-		{Here: true, Vals: make([]api.Value, 1<<17)}, {Vals: make([]api.Value, 1<<17)},
-	}
-	wrong := []api.Value{
-		{N: 1}, {S: "a"}, {Kind: api.Int, S: "a"}, {Kind: api.Bool, N: 2}, {Kind: api.Bool, N: -1}, {Kind: api.Bool, N: -1 << 63}, {Kind: api.Bool, S: "a"},
-		{Kind: api.Bytes, N: 1}, text(strings.Repeat("a", 21)), text(strings.Repeat("a", 1<<20)), {Kind: 4}, {Kind: -1}, {Kind: 1 << 40},
-	}
-	for place, f := range s.Fields {
-		misfits := slices.Clone(wrong)
-		for of := api.None; of <= api.Bytes; of++ {
-			if of != f.Type && (of != api.None || !f.Optional) {
-				misfits = append(misfits, api.Value{Kind: of})
-			}
-		}
-		for _, v := range misfits {
-			vals := slices.Clone(zero)
-			vals[place] = v
-			rows = append(rows, api.Row{Here: true, Vals: vals})
-		}
-	}
-	return rows
-}
-
 // P10.1 to P10.3: a row that is none of the schema, wherever it is wrong, in fields that nobody asks for too.
 func TestWrongRows(t *testing.T) {
 	for _, s := range drill.Schemas() {
-		for _, row := range wrongRows(s) {
+		for _, row := range drill.WrongRows(s) {
 			for _, src := range []string{"here", "1", "n", "has tag"} {
 				wantValue(t, s, drill.ExprOf(src), row, api.Value{}, api.ErrValue)
 			}

@@ -1,0 +1,58 @@
+package drill_test
+
+import (
+	"slices"
+	"testing"
+
+	"arbor/api"
+	"arbor/drill"
+	"arbor/value"
+)
+
+// Rows are of the schema, wrong ones are not, and both have records and none.
+func TestRowsAndWrongRows(t *testing.T) {
+	for _, s := range drill.Schemas() {
+		rows := drill.Rows(s)
+		if len(rows) != 1+len(drill.Records(s)) || rows[0].Here {
+			t.Errorf("%d rows, the first one %+v", len(rows), rows[0])
+		}
+		for _, row := range rows {
+			if drill.ShownRow(s, row) == "no row of the schema" {
+				t.Errorf("%+v is no row of the schema", row)
+			}
+		}
+		bare := 0
+		for _, row := range drill.WrongRows(s) {
+			if drill.ShownRow(s, row) != "no row of the schema" {
+				t.Errorf("%s is a row of the schema", drill.ShownRow(s, row))
+			}
+			if !row.Here {
+				bare++
+			}
+		}
+		for _, vals := range drill.WrongRecords(s) {
+			if value.Check(s, vals) != api.ErrValue {
+				t.Errorf("%+v is a record of the schema", vals)
+			}
+		}
+		if bare < 3 {
+			t.Errorf("only %d of the wrong rows are without a record", bare)
+		}
+	}
+}
+
+func TestSameRow(t *testing.T) {
+	s := drill.Schemas()[0]
+	rows := append(drill.Rows(s), drill.WrongRows(s)[:5]...)
+	for _, a := range rows {
+		if !drill.SameRow(a, api.Row{Here: a.Here, Vals: slices.Clone(a.Vals)}) {
+			t.Errorf("%+v is not the same as itself", a)
+		}
+		if drill.SameRow(a, api.Row{Here: !a.Here, Vals: a.Vals}) || drill.SameRow(a, api.Row{Here: a.Here, Vals: append([]api.Value{{}}, a.Vals...)}) {
+			t.Errorf("%+v is the same as another one", a)
+		}
+	}
+	if !drill.SameRow(api.Row{}, api.Row{Vals: []api.Value{}}) {
+		t.Error("no values are not the same as none")
+	}
+}
