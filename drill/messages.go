@@ -41,6 +41,15 @@ func ShownMessage(s api.Schema, m api.Message) string {
 	return "no message of " + key
 }
 
+// ShownMessages: the first eight of a list.
+func ShownMessages(s api.Schema, ms []api.Message) string {
+	text := ""
+	for _, m := range ms[:min(len(ms), 8)] {
+		text += ShownMessage(s, m) + " | "
+	}
+	return text
+}
+
 // CodeBytes: of instructions whose forms are right.
 func CodeBytes(is []api.Ins) []byte {
 	b, e := code.Encode(is...)
@@ -51,6 +60,31 @@ func CodeBytes(is []api.Ins) []byte {
 // SameMessage: are two messages alike, part by part?
 func SameMessage(a, b api.Message) bool {
 	return a.Kind == b.Kind && a.Key == b.Key && slices.Equal(a.Vals, b.Vals) && bytes.Equal(a.Code, b.Code)
+}
+
+// A spare byte and a spare value stand in no message.
+
+const spareByte = 0x77
+
+func spareValue() api.Value {
+	return api.Value{Kind: 77, N: 77, S: "spare"}
+}
+
+// RoomyMessage: the same message in other memory, with marked room behind its lists.
+func RoomyMessage(m api.Message) api.Message {
+	m.Vals, m.Code = Roomy(m.Vals, spareValue()), Roomy(m.Code, spareByte)
+	return m
+}
+
+// MessageAsItWas: is what RoomyMessage gave still the same as the message that it was given?
+func MessageAsItWas(given, m api.Message) bool {
+	return given.Kind == m.Kind && given.Key == m.Key && AsItWas(given.Vals, m.Vals, spareValue()) && AsItWas(given.Code, m.Code, spareByte)
+}
+
+// OverwriteMessage: every place of its lists, the room behind them too.
+func OverwriteMessage(m api.Message) {
+	Overwrite(m.Vals, spareValue())
+	Overwrite(m.Code, spareByte)
 }
 
 // Keys: short and long ones, of bytes at the edges.

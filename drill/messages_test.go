@@ -84,3 +84,52 @@ func TestSameMessage(t *testing.T) {
 		t.Error("lists without elements are not the same as none")
 	}
 }
+
+// What is done to a list of a message, or behind it, is told; and overwriting reaches all of it.
+func TestMessagesTellWhatWasDoneToThem(t *testing.T) {
+	s := drill.SchemaOf("n:int,tag:bytes?")
+	for _, text := range []string{"put k {n=5}", "delete k", "upsert k", "upsert k push 1; addto 0"} {
+		m := drill.MessageOf(s, text)
+		for name, change := range map[string]func(*api.Message){
+			"kind":  func(m *api.Message) { m.Kind++ },
+			"key":   func(m *api.Message) { m.Key += "k" },
+			"vals":  func(m *api.Message) { m.Vals[:1][0].N++ },
+			"code":  func(m *api.Message) { m.Code[:1][0]++ },
+			"all":   func(m *api.Message) { drill.OverwriteMessage(*m); m.Vals = m.Vals[:len(m.Vals)+1] },
+			"vals+": func(m *api.Message) { _ = append(m.Vals, api.Value{}) },
+			"code+": func(m *api.Message) { _ = append(m.Code, 0) },
+		} {
+			given := drill.RoomyMessage(m)
+			if !drill.MessageAsItWas(given, m) || drill.Shares(given.Vals, m.Vals) || drill.Shares(given.Code, m.Code) {
+				t.Errorf("%s: %+v", text, given)
+			}
+			change(&given)
+			if drill.MessageAsItWas(given, m) {
+				t.Errorf("%s: a change (%s) is not told", text, name)
+			}
+		}
+	}
+	m := drill.RoomyMessage(drill.MessageOf(s, "put k {n=5}"))
+	m.Code = make([]byte, 1, 3)
+	drill.OverwriteMessage(m)
+	for _, v := range m.Vals[:cap(m.Vals)] {
+		if v.Kind != 77 {
+			t.Errorf("a value is left: %+v", v)
+		}
+	}
+	if string(m.Code[:3]) != "www" {
+		t.Errorf("the code is % x", m.Code[:3])
+	}
+}
+
+func TestListsOfMessagesAsTexts(t *testing.T) {
+	s := drill.SchemaOf("n:int,tag:bytes?")
+	one := drill.MessageOf(s, "delete k")
+	list := []api.Message{drill.MessageOf(s, "put k {n=5}"), one, one, one, one, one, one, one, drill.MessageOf(s, "upsert k new")}
+	if got := drill.ShownMessages(s, list[:2]); got != `put "k" {n=5} | delete "k" | ` {
+		t.Errorf("two are shown as %s", got)
+	}
+	if drill.ShownMessages(s, nil) != "" || drill.ShownMessages(s, list) != drill.ShownMessages(s, list[:8]) {
+		t.Error("none or many are shown otherwise")
+	}
+}

@@ -5,6 +5,7 @@ import (
 	"strings"
 
 	"arbor/api"
+	"arbor/code"
 )
 
 // Play: what a code makes of a row, told straight from the table of instructions. It is a plain stand-in for the machine, for codes that may be run on the rows of the schema alone.
@@ -30,6 +31,22 @@ func Play(s api.Schema, is []api.Ins, row api.Row) api.Row {
 		}
 	}
 	return p.row
+}
+
+// PlayMessages: what messages make of a row, one behind the other, all of which may be.
+func PlayMessages(s api.Schema, row api.Row, ms ...api.Message) api.Row {
+	for _, m := range ms {
+		switch m.Kind {
+		case api.MPut:
+			row = api.Row{Here: true, Vals: slices.Clone(m.Vals)}
+		case api.MDelete:
+			row = api.Row{}
+		default:
+			is, _ := code.Decode(m.Code)
+			row = Play(s, is, row)
+		}
+	}
+	return row
 }
 
 type player struct {

@@ -78,3 +78,31 @@ func TestPlayChangesNoArgument(t *testing.T) {
 		t.Errorf("the row became %+v", row)
 	}
 }
+
+// Messages do to a row what their kinds say, one behind the other.
+func TestPlayMessages(t *testing.T) {
+	s := drill.SchemaOf("n:int,m:int?")
+	for _, c := range []struct {
+		row, end string
+		texts    []string
+	}{
+		{"{n=1}", "{n=1}", nil}, {"none", "none", nil},
+		{"{n=1,m=2}", "{n=4}", []string{"put k {n=4}"}}, {"none", "{n=4}", []string{"put k {n=4}"}},
+		{"{n=1}", "none", []string{"delete k"}}, {"{n=1}", "{n=6}", []string{"upsert k push 5; addto 0"}},
+		{"none", "{n=9,m=1}", []string{"put k {n=4,m=1}", "upsert j push 5; addto 0"}},
+		{"none", "{n=0}", []string{"put k {n=4}", "delete k", "upsert k new"}},
+	} {
+		var ms []api.Message
+		for _, text := range c.texts {
+			ms = append(ms, drill.MessageOf(s, text))
+		}
+		if got := drill.ShownRow(s, drill.PlayMessages(s, drill.RowOf(s, c.row), ms...)); got != c.end {
+			t.Errorf("%q make of %s: %s, want %s", c.texts, c.row, got, c.end)
+		}
+	}
+	put := drill.MessageOf(s, "put k {n=4}")
+	drill.PlayMessages(s, api.Row{}, put).Vals[0].N = 5
+	if put.Vals[0].N != 4 {
+		t.Error("what was done to a row is seen in the put that made it")
+	}
+}

@@ -17,6 +17,16 @@ func Rows(s api.Schema) []api.Row {
 	return rows
 }
 
+// Rows: one without a record, one of all zeros, one with all fields, and so many more.
+func (f Fitting) Rows(more int) []api.Row {
+	records := Records(f.Schema)
+	rows := []api.Row{{}, {Here: true, Vals: records[1]}, {Here: true, Vals: records[2]}, {Here: true, Vals: records[len(records)-3]}}
+	for range more {
+		rows = append(rows, f.Row())
+	}
+	return rows
+}
+
 // SameRow: have two rows the same record, or both none?
 func SameRow(a, b api.Row) bool {
 	return a.Here == b.Here && slices.Equal(a.Vals, b.Vals)

@@ -41,6 +41,30 @@ func TestRowsAndWrongRows(t *testing.T) {
 	}
 }
 
+// Among the rows of a Fitting are none, the zero record, one with all fields, and as many more as were asked for.
+func TestRowsOfFitting(t *testing.T) {
+	numbers := drill.Numbers(13)
+	for _, s := range drill.Schemas() {
+		fitting := drill.Fitting{Schema: s, Numbers: &numbers}
+		rows, none, zero, full := fitting.Rows(20), 0, 0, 0
+		for _, row := range rows {
+			switch {
+			case drill.ShownRow(s, row) == "no row of the schema":
+				t.Errorf("%+v is no row of the schema", row)
+			case !row.Here:
+				none++
+			case slices.Equal(row.Vals, value.Zero(s)):
+				zero++
+			case !slices.ContainsFunc(row.Vals, func(v api.Value) bool { return v.Kind == api.None }):
+				full++
+			}
+		}
+		if none == 0 || zero == 0 || full == 0 || len(rows) != len(fitting.Rows(0))+20 {
+			t.Errorf("of %d rows %d have no record, %d the zero record, %d all fields", len(rows), none, zero, full)
+		}
+	}
+}
+
 func TestSameRow(t *testing.T) {
 	s := drill.Schemas()[0]
 	rows := append(drill.Rows(s), drill.WrongRows(s)[:5]...)

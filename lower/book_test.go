@@ -156,31 +156,6 @@ func bookPlain(s api.Schema, p []api.Stmt) []api.Ins {
 	return is
 }
 
-// bookSize: the bytes of instructions, however many there are.
-func bookSize(is []api.Ins) int {
-	size := 0
-	for _, ins := range is {
-		size += bookInsSize(ins)
-	}
-	return size
-}
-
-func bookInsSize(ins api.Ins) int {
-	switch ins.Op {
-	case api.IPush:
-		size := 2
-		for turned := uint64(ins.N<<1) ^ uint64(ins.N>>63); turned > 127; turned >>= 7 {
-			size++
-		}
-		return size
-	case api.IBytes:
-		return 2 + len(ins.S)
-	case api.ILoad, api.IHas, api.IStore, api.IAddTo, api.IClear, api.IJump, api.IUnless:
-		return 2
-	}
-	return 1
-}
-
 func isLiteral(e api.Expr) bool {
 	return slices.Contains([]int{api.EInt, api.EBool, api.EBytes}, e.Op)
 }
@@ -226,46 +201,6 @@ func bookFoldedProgram(s api.Schema, p []api.Stmt) []api.Stmt {
 	return p
 }
 
-// bookSlack: what slack a code has that may be run, the first of it; or nothing.
-func bookSlack(s api.Schema, is []api.Ins) string {
-	types, e := code.Types(s, is...)
-	if e != api.OK {
-		return "it may not be run"
-	}
-	jumpsTo := func(places ...int) bool {
-		for at, ins := range is {
-			if (ins.Op == api.IJump || ins.Op == api.IUnless) && slices.Contains(places, at+1+int(ins.N)) {
-				return true
-			}
-		}
-		return false
-	}
-	for at, ins := range is {
-		there := "at " + strconv.Itoa(at)
-		switch {
-		case types[at] == "-":
-			return "nothing reaches what is " + there
-		case ins == api.Ins{Op: api.IJump}:
-			return "a jump of nothing " + there
-		case at+1 < len(is) && is[at+1] == ins && (ins.Op == api.INot || ins.Op == api.INeg) && !jumpsTo(at+1):
-			return "two that undo one another " + there
-		case at+3 < len(is) && ins.Op == api.IPush && is[at+1].Op == api.IAddTo && is[at+2].Op == api.IPush && is[at+3] == is[at+1] && !jumpsTo(at+1, at+2, at+3):
-			return "two sums " + there
-		}
-	}
-	return ""
-}
-
-// rowsFor: one without a record, one of all zeros, one with all fields, and a few more.
-func rowsFor(fitting drill.Fitting, more int) []api.Row {
-	records := drill.Records(fitting.Schema)
-	rows := []api.Row{{}, {Here: true, Vals: records[1]}, {Here: true, Vals: records[2]}, {Here: true, Vals: records[len(records)-3]}}
-	for range more {
-		rows = append(rows, fitting.Row())
-	}
-	return rows
-}
-
 // What the tests ask.
 
 func wantPlain(t *testing.T, s api.Schema, p []api.Stmt) []api.Ins {
@@ -295,17 +230,17 @@ func wantLower(t *testing.T, s api.Schema, p []api.Stmt, rows []api.Row) []api.I
 	plain, small := bookPlain(s, p), bookPlain(s, bookFoldedProgram(s, p))
 	is, e := lower.Lower(s, p)
 	wantCompiled(t, s, p, is, e)
-	if bookSize(plain) > api.MaxCode {
+	if drill.CodeSize(plain) > api.MaxCode {
 		if len(is) != 0 || e != api.ErrBig {
-			t.Fatalf("Lower(%s) = %s, %d, its plain code has %d bytes", drill.Shown(p), drill.ShownCode(is), e, bookSize(plain))
+			t.Fatalf("Lower(%s) = %s, %d, its plain code has %d bytes", drill.Shown(p), drill.ShownCode(is), e, drill.CodeSize(plain))
 		}
 		return nil
 	}
-	if slack := bookSlack(s, is); slack != "" || e != api.OK {
+	if slack := drill.Slack(s, is); slack != "" || e != api.OK {
 		t.Fatalf("Lower(%s) = %s, %d: %s", drill.Shown(p), drill.ShownCode(is), e, slack)
 	}
-	if size := bookSize(is); size > bookSize(plain) || size > bookSize(small) {
-		t.Fatalf("Lower(%s) = %s: %d bytes, the plain code has %d, folded %d", drill.Shown(p), drill.ShownCode(is), size, bookSize(plain), bookSize(small))
+	if size := drill.CodeSize(is); size > drill.CodeSize(plain) || size > drill.CodeSize(small) {
+		t.Fatalf("Lower(%s) = %s: %d bytes, the plain code has %d, folded %d", drill.Shown(p), drill.ShownCode(is), size, drill.CodeSize(plain), drill.CodeSize(small))
 	}
 	wantMeaning(t, s, p, is, rows)
 	if again, e := lower.Lower(s, p); !slices.Equal(again, is) || e != api.OK {
@@ -336,11 +271,11 @@ func wantPeephole(t *testing.T, s api.Schema, is []api.Ins, rows []api.Row) []ap
 	if e != api.OK || wrong != api.OK {
 		t.Fatalf("Peephole(%s) = %s, %d", drill.ShownCode(is), drill.ShownCode(got), e)
 	}
-	if slack := bookSlack(s, got); slack != "" {
+	if slack := drill.Slack(s, got); slack != "" {
 		t.Fatalf("Peephole(%s) = %s: %s", drill.ShownCode(is), drill.ShownCode(got), slack)
 	}
-	if d, _, _ := code.Verify(s, got...); d > deep || len(got) > len(is) || bookSize(got) > bookSize(is) {
-		t.Fatalf("Peephole(%s) = %s: %d deep, %d bytes, it was %d deep, %d bytes", drill.ShownCode(is), drill.ShownCode(got), d, bookSize(got), deep, bookSize(is))
+	if d, _, _ := code.Verify(s, got...); d > deep || len(got) > len(is) || drill.CodeSize(got) > drill.CodeSize(is) {
+		t.Fatalf("Peephole(%s) = %s: %d deep, %d bytes, it was %d deep, %d bytes", drill.ShownCode(is), drill.ShownCode(got), d, drill.CodeSize(got), deep, drill.CodeSize(is))
 	}
 	for _, row := range rows {
 		if now, was := drill.Play(s, got, row), drill.Play(s, is, row); !drill.SameRow(now, was) {

@@ -26,7 +26,7 @@ func bookCompile(s api.Schema, src string) ([]api.Stmt, api.Errno, int) {
 	if e, number := typing.Check(s, p); e != api.OK {
 		return nil, e, number
 	}
-	if bookSize(bookPlain(s, p)) > 96 {
+	if drill.CodeSize(bookPlain(s, p)) > 96 {
 		return nil, api.ErrBig, 0
 	}
 	return p, api.OK, 0
@@ -79,8 +79,8 @@ func TestLowerIsShort(t *testing.T) {
 		{"on = not not on", 4}, {"n = - - n", 4}, {"on = not (n > 1)", 7}, {`tag = cat("ab", "c")`, 7}, {`n = len("abcdefghijklmnopqrst")`, 4},
 		{"n = - - - n", 5}, {"if on { n += 1; n += 2 }", 8}, {"n = pick(1 < 2, 3, 4)", 4}, {"n += 1; n += -1", 4}, {"if not (n != 1) { delete }", 8},
 	} {
-		if is := wantLower(t, s, drill.ProgramOf(c.src), exampleRows()); bookSize(is) > c.most {
-			t.Errorf("Lower(%s) = %s: %d bytes, want %d at most", c.src, drill.ShownCode(is), bookSize(is), c.most)
+		if is := wantLower(t, s, drill.ProgramOf(c.src), exampleRows()); drill.CodeSize(is) > c.most {
+			t.Errorf("Lower(%s) = %s: %d bytes, want %d at most", c.src, drill.ShownCode(is), drill.CodeSize(is), c.most)
 		}
 	}
 }
@@ -108,7 +108,7 @@ func TestEdgeOfBig(t *testing.T) {
 		{"n = " + ones(32), 97},
 	} {
 		p := drill.ProgramOf(c.src)
-		if size := bookSize(wantPlain(t, s, p)); size != c.size {
+		if size := drill.CodeSize(wantPlain(t, s, p)); size != c.size {
 			t.Errorf("%s: a size of %d, want %d", c.src, size, c.size)
 		}
 		wantLower(t, s, p, exampleRows())
@@ -165,7 +165,7 @@ func TestCompileOfSpoiledSources(t *testing.T) {
 	numbers := drill.Numbers(129)
 	for _, s := range drill.Schemas() {
 		fitting := drill.Fitting{Schema: s, Numbers: &numbers}
-		met, base := map[api.Errno]int{}, rowsFor(fitting, 0)
+		met, base := map[api.Errno]int{}, fitting.Rows(0)
 		for i := range 6000 {
 			src := drill.Shown(fitting.Program(2 + i%3))
 			if len(src) > 0 && i%3 > 0 {

@@ -78,7 +78,7 @@ func TestExamplesOfFold(t *testing.T) {
 func TestExampleOfTwoSums(t *testing.T) {
 	s := drill.SchemaOf(exampleSchema)
 	p := drill.ProgramOf("n += 1; n += 2")
-	if slack := bookSlack(s, wantPlain(t, s, p)); slack == "" {
+	if slack := drill.Slack(s, wantPlain(t, s, p)); slack == "" {
 		t.Error("the plain code has no slack")
 	}
 	if is := wantLower(t, s, p, exampleRows()); len(is) > 2 {
@@ -122,7 +122,7 @@ func TestExamplesOfCompile(t *testing.T) {
 		}
 	}
 	for n, size := range []int{0, 24, 48, 72, 96, 120} {
-		if got := bookSize(wantPlain(t, s, drill.ProgramOf(strings.Join(long[:n], ";")))); got != size {
+		if got := drill.CodeSize(wantPlain(t, s, drill.ProgramOf(strings.Join(long[:n], ";")))); got != size {
 			t.Errorf("%d times: a size of %d, want %d", n, got, size)
 		}
 	}
@@ -133,7 +133,7 @@ func TestSizes(t *testing.T) {
 	for text, size := range map[string]int{"push 5": 2, "push 64": 3, "load 0": 2, "store 0": 2, "addto 0": 2, "has 1": 2, "clear 1": 2, "unless 9": 2, "jump 9": 2, `bytes ""`: 2, `bytes "abc"`: 5, "true": 1, "cat": 1, "new": 1, "push 9223372036854775807": 11, "push -9223372036854775808": 11, "push 63": 2, "push -64": 2, "push -65": 3} {
 		is := drill.CodeOf(text)
 		b, e := code.Encode(is...)
-		if got := bookSize(is); got != size || len(b) != size || e != api.OK {
+		if got := drill.CodeSize(is); got != size || len(b) != size || e != api.OK {
 			t.Errorf("%s has a size of %d and %d bytes, want %d", text, got, len(b), size)
 		}
 	}

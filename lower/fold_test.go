@@ -45,7 +45,7 @@ func TestFoldOfLiterals(t *testing.T) {
 func TestFoldOfEveryOperation(t *testing.T) {
 	numbers := drill.Numbers(124)
 	for _, s := range drill.Schemas() {
-		rows := rowsFor(drill.Fitting{Schema: s, Numbers: &numbers}, 4)
+		rows := drill.Fitting{Schema: s, Numbers: &numbers}.Rows(4)
 		everyExpr(s, func(e api.Expr, _ int) { wantFold(t, s, e, rows) })
 		for of := api.Int; of <= api.Bytes; of++ {
 			for _, e := range leaves(s, of, true) {
@@ -75,7 +75,7 @@ func TestFoldOfDeepExpressions(t *testing.T) {
 	numbers := drill.Numbers(125)
 	for _, s := range drill.Schemas() {
 		fitting := drill.Fitting{Schema: s, Numbers: &numbers}
-		shorter, literal, base := 0, 0, rowsFor(fitting, 0)
+		shorter, literal, base := 0, 0, fitting.Rows(0)
 		for i := range 4000 {
 			e := fitting.Expr(1+i%3, 2+i%5)
 			if i%4 == 0 {
@@ -160,7 +160,7 @@ func TestErrorsAreThoseOfType(t *testing.T) {
 	numbers := drill.Numbers(126)
 	for _, s := range drill.Schemas() {
 		fitting := drill.Fitting{Schema: s, Numbers: &numbers}
-		met, base := map[api.Errno]int{}, rowsFor(fitting, 0)
+		met, base := map[api.Errno]int{}, fitting.Rows(0)
 		for i := range 3000 {
 			list := []api.Expr{fitting.Expr(1+i%3, 2+i%4)}
 			fitting.Spoil(drill.Pick(&numbers, drill.ExprParts(list)))

@@ -88,7 +88,7 @@ func TestCodesShareNothing(t *testing.T) {
 			drill.Overwrite(lowered, spare)
 			drill.Overwrite(short, spare)
 			drill.Overwrite(second, 0x77)
-			if now, _, _ := lower.Compile(s, src); !slices.Equal(plain, bookPlain(s, p)) || !bytes.Equal(first, want) || !bytes.Equal(now, want) || bookSlack(s, shorter) != "" {
+			if now, _, _ := lower.Compile(s, src); !slices.Equal(plain, bookPlain(s, p)) || !bytes.Equal(first, want) || !bytes.Equal(now, want) || drill.Slack(s, shorter) != "" {
 				t.Fatalf("%s: what was done to one list is seen in another", src)
 			}
 		}
@@ -142,7 +142,7 @@ func TestCallsKnowNothingOfOneAnother(t *testing.T) {
 	ints, turned := drill.SchemaOf("n:int,m:int?,on:bool"), drill.SchemaOf("on:bool?,m:int,n:int?")
 	rows := func(s api.Schema) []api.Row {
 		numbers := drill.Numbers(133)
-		return rowsFor(drill.Fitting{Schema: s, Numbers: &numbers}, 3)
+		return drill.Fitting{Schema: s, Numbers: &numbers}.Rows(3)
 	}
 	for range 3 {
 		for _, src := range []string{"n += 1; n += 2", "m = 1 + 1", "if here { n min= 3 } else { new }", "on = not (m ?? 3 > 2)", "clear n", "clear m", "n = m", "n = ", "m max= 7; m += 5"} {

@@ -85,7 +85,7 @@ func TestPeepholeOfLongCodes(t *testing.T) {
 	numbers := drill.Numbers(127)
 	for _, s := range drill.Schemas() {
 		fitting := drill.Fitting{Schema: s, Numbers: &numbers}
-		right, loose, base := 0, 0, rowsFor(fitting, 0)
+		right, loose, base := 0, 0, fitting.Rows(0)
 		for i := range 4000 {
 			is := fitting.Code(2 + i%4)
 			for range numbers.Below(6) {
@@ -103,7 +103,7 @@ func TestPeepholeOfLongCodes(t *testing.T) {
 				continue
 			}
 			right++
-			if bookSlack(s, is) != "" {
+			if drill.Slack(s, is) != "" {
 				loose++
 			}
 			wantPeephole(t, s, is, append(base, fitting.Row(), fitting.Row()))

@@ -94,7 +94,7 @@ func changesBy(s api.Schema, e api.Expr, of int) []api.Stmt {
 func TestEveryConstruct(t *testing.T) {
 	numbers := drill.Numbers(120)
 	for _, s := range drill.Schemas() {
-		rows := rowsFor(drill.Fitting{Schema: s, Numbers: &numbers}, 4)
+		rows := drill.Fitting{Schema: s, Numbers: &numbers}.Rows(4)
 		everyExpr(s, func(e api.Expr, of int) {
 			for _, st := range changesBy(s, e, of) {
 				p := []api.Stmt{st}
@@ -121,7 +121,7 @@ func TestOtherStatements(t *testing.T) {
 			}
 		}
 		numbers := drill.Numbers(121)
-		rows := rowsFor(drill.Fitting{Schema: s, Numbers: &numbers}, 8)
+		rows := drill.Fitting{Schema: s, Numbers: &numbers}.Rows(8)
 		drill.Scripts(list, 2, func(p []api.Stmt) {
 			wantMeaning(t, s, p, wantPlain(t, s, p), rows)
 			wantLower(t, s, p, rows)
@@ -134,7 +134,7 @@ func TestDeepPrograms(t *testing.T) {
 	numbers := drill.Numbers(122)
 	for _, s := range drill.Schemas() {
 		fitting := drill.Fitting{Schema: s, Numbers: &numbers}
-		right, big, base := 0, 0, rowsFor(fitting, 0)
+		right, big, base := 0, 0, fitting.Rows(0)
 		for i := range 4000 {
 			p := fitting.Program(2 + i%6)
 			if syntax.Check(p) != api.OK {
@@ -143,7 +143,7 @@ func TestDeepPrograms(t *testing.T) {
 			rows := append(base, fitting.Row(), fitting.Row())
 			is := wantPlain(t, s, p)
 			wantLower(t, s, p, rows)
-			if bookSize(is) > api.MaxCode {
+			if drill.CodeSize(is) > api.MaxCode {
 				big++
 				continue
 			}

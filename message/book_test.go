@@ -82,15 +82,6 @@ func bookMessage(s api.Schema, kind int, key string, body []byte) api.Message {
 	return m
 }
 
-// bookApply: of messages that may be, on a row that may be.
-func bookApply(s api.Schema, row api.Row, ms ...api.Message) api.Row {
-	for _, m := range ms {
-		is, _ := code.Decode(m.Code)
-		row = map[int]api.Row{1: {Here: true, Vals: m.Vals}, 2: {}, 3: drill.Play(s, is, row)}[m.Kind]
-	}
-	return row
-}
-
 func isRow(s api.Schema, row api.Row) bool {
 	return !row.Here && len(row.Vals) == 0 || row.Here && value.Check(s, row.Vals) == api.OK
 }
@@ -160,26 +151,18 @@ func wantDecode(t *testing.T, s api.Schema, b []byte) api.Errno {
 // wantApply: what messages that may be make of a row that may be; and one alone by Apply too.
 func wantApply(t *testing.T, s api.Schema, row api.Row, ms ...api.Message) api.Row {
 	t.Helper()
-	want := bookApply(s, row, ms...)
+	want := drill.PlayMessages(s, row, ms...)
 	got, e := message.ApplyAll(s, row, ms...)
 	if e != api.OK || !drill.SameRow(got, want) || !isRow(s, got) {
-		t.Fatalf("ApplyAll(%s) on %s = %s, %d, want %s", shownAll(s, ms), drill.ShownRow(s, row), drill.ShownRow(s, got), e, drill.ShownRow(s, want))
+		t.Fatalf("ApplyAll(%s) on %s = %s, %d, want %s", drill.ShownMessages(s, ms), drill.ShownRow(s, row), drill.ShownRow(s, got), e, drill.ShownRow(s, want))
 	}
 	if len(ms) != 1 {
 		return got
 	}
 	if one, e := message.Apply(s, row, ms[0]); e != api.OK || !drill.SameRow(one, want) {
-		t.Fatalf("Apply(%s) on %s = %s, %d, want %s", shownAll(s, ms), drill.ShownRow(s, row), drill.ShownRow(s, one), e, drill.ShownRow(s, want))
+		t.Fatalf("Apply(%s) on %s = %s, %d, want %s", drill.ShownMessages(s, ms), drill.ShownRow(s, row), drill.ShownRow(s, one), e, drill.ShownRow(s, want))
 	}
 	return got
-}
-
-func shownAll(s api.Schema, ms []api.Message) string {
-	text := ""
-	for _, m := range ms[:min(len(ms), 8)] {
-		text += drill.ShownMessage(s, m) + " | "
-	}
-	return text
 }
 
 // messagesOf: of keys by chance, for rows of each schema.

@@ -82,13 +82,13 @@ func TestListsOneBehindTheOther(t *testing.T) {
 			ms, row := someMessages(fitting, 6), fitting.Row()
 			want, e := message.ApplyAll(s, row, ms...)
 			if e != api.OK || !isRow(s, want) {
-				t.Fatalf("ApplyAll(%s) on %s = %+v, %d", shownAll(s, ms), drill.ShownRow(s, row), want, e)
+				t.Fatalf("ApplyAll(%s) on %s = %+v, %d", drill.ShownMessages(s, ms), drill.ShownRow(s, row), want, e)
 			}
 			for cut := range len(ms) + 1 {
 				between, _ := message.ApplyAll(s, row, ms[:cut]...)
 				got, e := message.ApplyAll(s, between, ms[cut:]...)
 				if e != api.OK || !drill.SameRow(got, want) {
-					t.Fatalf("ApplyAll(%s) on %s, cut at %d: %+v, %d, want %+v", shownAll(s, ms), drill.ShownRow(s, row), cut, got, e, want)
+					t.Fatalf("ApplyAll(%s) on %s, cut at %d: %+v, %d, want %+v", drill.ShownMessages(s, ms), drill.ShownRow(s, row), cut, got, e, want)
 				}
 			}
 			one := row
@@ -96,7 +96,7 @@ func TestListsOneBehindTheOther(t *testing.T) {
 				one, _ = message.Apply(s, one, m)
 			}
 			if !drill.SameRow(one, want) {
-				t.Fatalf("%s on %s, one by one: %+v, want %+v", shownAll(s, ms), drill.ShownRow(s, row), one, want)
+				t.Fatalf("%s on %s, one by one: %+v, want %+v", drill.ShownMessages(s, ms), drill.ShownRow(s, row), one, want)
 			}
 		}
 	}
@@ -117,7 +117,7 @@ func TestWhatStandsAheadDoesNotMatter(t *testing.T) {
 			for range 3 {
 				ms := append(append(someMessages(fitting, 3), last), behind...)
 				if got, e := message.ApplyAll(s, fitting.Row(), ms...); e != api.OK || !drill.SameRow(got, want) {
-					t.Fatalf("ApplyAll(%s) = %+v, %d, want %+v", shownAll(s, ms), got, e, want)
+					t.Fatalf("ApplyAll(%s) = %+v, %d, want %+v", drill.ShownMessages(s, ms), got, e, want)
 				}
 			}
 		}

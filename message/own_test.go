@@ -17,17 +17,6 @@ var (
 
 const spareByte = 0x77
 
-// roomy: the same message in other memory, with marked room behind its lists.
-func roomy(m api.Message) api.Message {
-	m.Vals, m.Code = drill.Roomy(m.Vals, spareValue), drill.Roomy(m.Code, spareByte)
-	return m
-}
-
-// asItWas: is what roomy gave still the same as the message that it was given?
-func asItWas(given, m api.Message) bool {
-	return given.Kind == m.Kind && given.Key == m.Key && drill.AsItWas(given.Vals, m.Vals, spareValue) && drill.AsItWas(given.Code, m.Code, spareByte)
-}
-
 // P14.7, R5: messages, rows, bytes and schemas that are handed in are not changed, nor is the spare room of their lists; whether the call is refused or not.
 func TestArgumentsAreNotChanged(t *testing.T) {
 	wrong := drill.WrongMessages(drill.Schemas()[0])[:40] // of kinds, parts and keys that may not be, whatever the schema is
@@ -40,7 +29,7 @@ func TestArgumentsAreNotChanged(t *testing.T) {
 			row.Vals[0] = api.Value{Kind: 9}
 		}
 		fields, vals := drill.Roomy(s.Fields, spareField), drill.Roomy(row.Vals, spareValue)
-		given, in, one := api.Schema{Fields: fields}, api.Row{Here: row.Here, Vals: vals}, roomy(m)
+		given, in, one := api.Schema{Fields: fields}, api.Row{Here: row.Here, Vals: vals}, drill.RoomyMessage(m)
 		ms := []api.Message{one, one, {Kind: api.MDelete, Key: "spare"}}
 		message.Check(given, one)
 		message.Size(given, one)
@@ -50,7 +39,7 @@ func TestArgumentsAreNotChanged(t *testing.T) {
 		message.Apply(given, in, one)
 		message.ApplyAll(given, in, ms[:2]...)
 		message.ApplyAll(given, in, ms[:0]...)
-		if !asItWas(one, m) || !asItWas(ms[0], m) || !asItWas(ms[1], m) || !drill.SameMessage(ms[2], api.Message{Kind: api.MDelete, Key: "spare"}) {
+		if !drill.MessageAsItWas(one, m) || !drill.MessageAsItWas(ms[0], m) || !drill.MessageAsItWas(ms[1], m) || !drill.SameMessage(ms[2], api.Message{Kind: api.MDelete, Key: "spare"}) {
 			t.Fatalf("a message was changed: %+v, it was %+v", one, m)
 		}
 		if !drill.AsItWas(fields, s.Fields, spareField) || !drill.AsItWas(vals, row.Vals, spareValue) || !drill.AsItWas(b, raw, spareByte) {
@@ -63,7 +52,7 @@ func TestArgumentsAreNotChanged(t *testing.T) {
 func TestBytesShareNothing(t *testing.T) {
 	messagesOf(164, 1500, func(fitting drill.Fitting, m api.Message) {
 		s, want := fitting.Schema, bookEncode(fitting.Schema, m)
-		in := roomy(m)
+		in := drill.RoomyMessage(m)
 		first, _ := message.Encode(s, in)
 		second, _ := message.Encode(s, in)
 		raw := append(slices.Clone(want), "behind"...)
@@ -110,11 +99,11 @@ func TestRowsShareNothing(t *testing.T) {
 
 func wantOwnRow(t *testing.T, s api.Schema, row api.Row, ms []api.Message) {
 	t.Helper()
-	want := bookApply(s, row, ms...)
+	want := drill.PlayMessages(s, row, ms...)
 	in := api.Row{Here: row.Here, Vals: drill.Roomy(row.Vals, spareValue)}
 	given := make([]api.Message, len(ms))
 	for i, m := range ms {
-		given[i] = roomy(m)
+		given[i] = drill.RoomyMessage(m)
 	}
 	first, _ := message.ApplyAll(s, in, given...)
 	second, _ := message.ApplyAll(s, in, given...)
@@ -126,18 +115,17 @@ func wantOwnRow(t *testing.T, s api.Schema, row api.Row, ms []api.Message) {
 	for i, list := range all {
 		for _, other := range all[:i] {
 			if drill.Shares(list, other) {
-				t.Fatalf("%s on %s: two lists share memory", shownAll(s, ms), drill.ShownRow(s, row))
+				t.Fatalf("%s on %s: two lists share memory", drill.ShownMessages(s, ms), drill.ShownRow(s, row))
 			}
 		}
 	}
 	drill.Overwrite(second.Vals, spareValue)
 	drill.Overwrite(in.Vals, spareValue)
 	for _, m := range given {
-		drill.Overwrite(m.Vals, spareValue)
-		drill.Overwrite(m.Code, spareByte)
+		drill.OverwriteMessage(m)
 	}
 	if !drill.SameRow(first, want) {
-		t.Fatalf("%s on %s: what was done to one list is seen in another: %+v", shownAll(s, ms), drill.ShownRow(s, row), first)
+		t.Fatalf("%s on %s: what was done to one list is seen in another: %+v", drill.ShownMessages(s, ms), drill.ShownRow(s, row), first)
 	}
 	wantApply(t, s, row, ms...)
 }

@@ -1,4 +1,5 @@
-package lower
+// Package slack: what stands in a code for nothing, as doc/12-lower.md tells it, and codes without it.
+package slack
 
 import (
 	"slices"
@@ -7,43 +8,51 @@ import (
 	"arbor/code"
 )
 
-// Peephole: a code that does the same to every row, and is not longer.
-func Peephole(s api.Schema, is ...api.Ins) ([]api.Ins, api.Errno) {
-	if _, _, e := code.Verify(s, is...); e != api.OK {
-		return nil, e
-	}
+// Removed: a code that may be run on the rows of a schema, without its slack. What is none stays: a sum of 0 too, for it makes an absent field present.
+func Removed(s api.Schema, is []api.Ins) []api.Ins {
 	is = slices.Clone(is)
 	for {
 		at, n := lookAt(s, is).slack()
 		if n == 0 {
-			return is, api.OK
+			return is
 		}
 		is = without(is, at, n)
 	}
 }
 
-// hole: what the peephole shows: a code that may be run, the types on the stack at each of its places, and how many jumps go there.
-type hole struct {
+// Joined: a code whose jumps stay within it, of whatever length, with the two sums from a place on as one, if they are slack; else as it is.
+func Joined(is []api.Ins, at int) []api.Ins {
+	is = slices.Clone(is)
+	n := view{is: is, goals: goalsOf(is)}.joined(at)
+	return without(is, at, n)
+}
+
+// view: a code that may be run, the types on the stack at each of its places, and how many jumps go there.
+type view struct {
 	is    []api.Ins
 	types []string
 	goals []int
 }
 
-func lookAt(s api.Schema, is []api.Ins) hole {
+func lookAt(s api.Schema, is []api.Ins) view {
 	types, _ := code.Types(s, is...)
+	return view{is, types, goalsOf(is)}
+}
+
+func goalsOf(is []api.Ins) []int {
 	goals := make([]int, len(is)+1)
 	for at, ins := range is {
 		if isJump(ins) {
 			goals[target(at, ins)]++
 		}
 	}
-	return hole{is, types, goals}
+	return goals
 }
 
 // slack: the first place at which there is some, and how many instructions from there on have to go; none, if there is no slack.
-func (h hole) slack() (at, n int) {
-	for at := range h.is {
-		for _, rule := range []func(int) int{h.idle, h.leadsNowhere, h.undone, h.joined} {
+func (v view) slack() (at, n int) {
+	for at := range v.is {
+		for _, rule := range []func(int) int{v.idle, v.leadsNowhere, v.undone, v.joined} {
 			if n := rule(at); n > 0 {
 				return at, n
 			}
@@ -54,44 +63,44 @@ func (h hole) slack() (at, n int) {
 
 // Each rule says how many instructions go from a place on; none, if there is not the slack that it looks for.
 
-func (h hole) idle(at int) int {
-	if h.types[at] == "-" {
+func (v view) idle(at int) int {
+	if v.types[at] == "-" {
 		return 1
 	}
 	return 0
 }
 
-func (h hole) leadsNowhere(at int) int {
-	if h.is[at].Op == api.IJump && h.is[at].N == 0 {
+func (v view) leadsNowhere(at int) int {
+	if v.is[at].Op == api.IJump && v.is[at].N == 0 {
 		return 1
 	}
 	return 0
 }
 
-func (h hole) undone(at int) int {
-	op := h.is[at].Op
-	if (op == api.INot || op == api.INeg) && h.follows(at, op, op) {
+func (v view) undone(at int) int {
+	op := v.is[at].Op
+	if (op == api.INot || op == api.INeg) && v.follows(at, op, op) {
 		return 2
 	}
 	return 0
 }
 
 // joined: the second sum takes the first one over. Who jumps to the first goes to the second then.
-func (h hole) joined(at int) int {
-	if !h.follows(at, api.IPush, api.IAddTo, api.IPush, api.IAddTo) || h.is[at+1].N != h.is[at+3].N {
+func (v view) joined(at int) int {
+	if !v.follows(at, api.IPush, api.IAddTo, api.IPush, api.IAddTo) || v.is[at+1].N != v.is[at+3].N {
 		return 0
 	}
-	h.is[at+2].N += h.is[at].N
+	v.is[at+2].N += v.is[at].N
 	return 2
 }
 
 // follows: do these operations stand there from a place on, one behind the other, and no jump goes among them?
-func (h hole) follows(at int, ops ...int) bool {
-	if at+len(ops) > len(h.is) {
+func (v view) follows(at int, ops ...int) bool {
+	if at < 0 || at+len(ops) > len(v.is) {
 		return false
 	}
 	for i, op := range ops {
-		if h.is[at+i].Op != op || i > 0 && h.goals[at+i] > 0 {
+		if v.is[at+i].Op != op || i > 0 && v.goals[at+i] > 0 {
 			return false
 		}
 	}
