@@ -4,6 +4,7 @@ import (
 	"slices"
 
 	"arbor/api"
+	"arbor/little"
 	"arbor/value"
 )
 
@@ -17,7 +18,7 @@ func bytesOf(is []api.Ins) []byte {
 		case numberOperand:
 			b = append(b, intBytes(ins.N)...)
 		case bytesOperand:
-			b = append(append(b, byte(len(ins.S))), ins.S...)
+			b = little.AppendShort(b, ins.S)
 		default:
 			b = append(b, byte(ins.N))
 		}
@@ -52,11 +53,8 @@ func takeByte(b []byte) (n int64, rest []byte, ok bool) {
 }
 
 func takeBytes(b []byte) (text string, rest []byte, ok bool) {
-	if len(b) < 1 || len(b) < 1+int(b[0]) {
-		return "", nil, false
-	}
-	end := 1 + int(b[0])
-	return string(b[1:end]), b[end:], true
+	part, rest, ok := little.Short(b)
+	return string(part), rest, ok
 }
 
 // A record of one plain int has no bytes beside the int's: so value knows how a push writes its number, and which groups are needless or too many.

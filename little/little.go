@@ -1,4 +1,4 @@
-// Package little: numbers as bytes, the lowest byte first, as all formats of the program have them.
+// Package little: numbers as bytes, the lowest byte first, and short parts with the number of their bytes ahead of them, as all formats of the program have them.
 package little
 
 // Put: a number into so many bytes as b has. Of a number that is too great for them the lowest bytes stand, so that -1 of a signed one is all ones.
@@ -16,4 +16,25 @@ func Number(b []byte) uint64 {
 		n |= uint64(c) << (8 * place)
 	}
 	return n
+}
+
+// Append: some bytes, and behind them a number in so many.
+func Append(b []byte, n uint64, bytes int) []byte {
+	b = append(b, make([]byte, bytes)...)
+	Put(b[len(b)-bytes:], n)
+	return b
+}
+
+// AppendShort: some bytes, and behind them a part of at most 255 with the number of its bytes ahead of it, in one.
+func AppendShort[Part ~string | ~[]byte](b []byte, part Part) []byte {
+	return append(append(b, byte(len(part))), part...)
+}
+
+// Short: the part that AppendShort laid at the head of some bytes, and what stands behind it.
+func Short(b []byte) (part, rest []byte, ok bool) {
+	if len(b) < 1 || len(b) < 1+int(b[0]) {
+		return nil, nil, false
+	}
+	end := 1 + int(b[0])
+	return b[1:end], b[end:], true
 }

@@ -50,3 +50,36 @@ func TestPutWritesNothingBehindItsBytes(t *testing.T) {
 		t.Errorf("Put into the middle gave %v", b)
 	}
 }
+
+func TestAppendLaysANumberBehindSomeBytes(t *testing.T) {
+	for _, head := range [][]byte{nil, {9}, make([]byte, 2, 20)} {
+		for width := range 9 {
+			got := little.Append(head, 0x1122334455667788, width)
+			want := make([]byte, width)
+			little.Put(want, 0x1122334455667788)
+			if !bytes.Equal(got, append(bytes.Clone(head), want...)) {
+				t.Errorf("Append(%v, .., %d) = %v", head, width, got)
+			}
+		}
+	}
+}
+
+// A part comes back, and what stands behind it, as texts and as bytes; of fewer bytes than it tells of nothing comes.
+func TestShortParts(t *testing.T) {
+	for _, length := range []int{0, 1, 2, 127, 128, 255} {
+		part := bytes.Repeat([]byte{7}, length)
+		b := little.AppendShort([]byte{5}, part)
+		if !bytes.Equal(b, little.AppendShort([]byte{5}, string(part))) || len(b) != 2+length || b[0] != 5 || int(b[1]) != length {
+			t.Fatalf("a part of %d bytes is laid as %v", length, b)
+		}
+		got, rest, ok := little.Short(append(b[1:], 3, 4))
+		if !ok || !bytes.Equal(got, part) || !bytes.Equal(rest, []byte{3, 4}) {
+			t.Errorf("a part of %d bytes comes back as %v, %v, %v", length, got, rest, ok)
+		}
+		for cut := range length + 1 {
+			if got, rest, ok := little.Short(b[1 : 1+cut]); ok || len(got)+len(rest) != 0 {
+				t.Errorf("%d of %d bytes: %v, %v", cut, length+1, got, rest)
+			}
+		}
+	}
+}

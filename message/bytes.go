@@ -2,6 +2,7 @@ package message
 
 import (
 	"arbor/api"
+	"arbor/little"
 	"arbor/value"
 )
 
@@ -17,8 +18,8 @@ func Encode(s api.Schema, m api.Message) ([]byte, api.Errno) {
 		return nil, e
 	}
 	b := []byte{byte(m.Kind)}
-	b = appendShort(b, []byte(m.Key))
-	return appendShort(b, bodyOf(s, m)), api.OK
+	b = little.AppendShort(b, m.Key)
+	return little.AppendShort(b, bodyOf(s, m)), api.OK
 }
 
 // Decode: the message at the head of some bytes, and how many of them it takes.
@@ -47,11 +48,11 @@ func take(s api.Schema, b []byte) (m api.Message, rest []byte, ok bool) {
 	if len(b) < 1 {
 		return api.Message{}, nil, false
 	}
-	key, rest, ok := takeShort(b[1:])
+	key, rest, ok := little.Short(b[1:])
 	if !ok {
 		return api.Message{}, nil, false
 	}
-	body, rest, ok := takeShort(rest)
+	body, rest, ok := little.Short(rest)
 	if !ok {
 		return api.Message{}, nil, false
 	}
@@ -66,18 +67,4 @@ func withBody(s api.Schema, m api.Message, body []byte) api.Message {
 	}
 	m.Code = append([]byte{}, body...)
 	return m
-}
-
-// appendShort: a part with the number of its bytes ahead of it, which a byte has room for.
-func appendShort(b, part []byte) []byte {
-	return append(append(b, byte(len(part))), part...)
-}
-
-// takeShort: what appendShort laid at the head of some bytes, and what stands behind it.
-func takeShort(b []byte) (part, rest []byte, ok bool) {
-	if len(b) < 1 || len(b) < 1+int(b[0]) {
-		return nil, nil, false
-	}
-	end := 1 + int(b[0])
-	return b[1:end], b[end:], true
 }

@@ -129,12 +129,7 @@ func TestSpoiledMessages(t *testing.T) {
 		b, _ := message.Encode(s, m)
 		b = append(b, "\x02\x01k\x00"[:numbers.Below(5)]...)
 		for at := range b {
-			c := drill.Pick(numbers, []byte{0, 1, 2, 3, b[at] + 1, b[at] - 1, b[at] ^ 128, byte(numbers.Below(256))})
-			for _, raw := range [][]byte{
-				slices.Concat(b[:at], []byte{c}, b[at+1:]),
-				slices.Delete(bytes.Clone(b), at, at+1),
-				slices.Insert(bytes.Clone(b), at, c),
-			} {
+			for _, raw := range numbers.Spoiled(b, at) {
 				if wantDecode(t, s, raw) == api.OK {
 					right++
 				} else {

@@ -68,7 +68,7 @@ func appendValue(b []byte, v api.Value) []byte {
 	case api.Bool:
 		return append(b, byte(v.N))
 	case api.Bytes:
-		return append(append(b, byte(len(v.S))), v.S...)
+		return little.AppendShort(b, v.S)
 	}
 	return b
 }
@@ -119,9 +119,9 @@ func takeBool(b []byte) (v api.Value, rest []byte, ok bool) {
 }
 
 func takeBytes(b []byte) (v api.Value, rest []byte, ok bool) {
-	if len(b) < 1 || b[0] > api.MaxBytes || len(b) < 1+int(b[0]) {
+	part, rest, ok := little.Short(b)
+	if !ok || len(part) > api.MaxBytes {
 		return api.Value{}, nil, false
 	}
-	end := 1 + int(b[0])
-	return api.Value{Kind: api.Bytes, S: string(b[1:end])}, b[end:], true
+	return api.Value{Kind: api.Bytes, S: string(part)}, rest, true
 }
