@@ -395,7 +395,7 @@ func sameEntry(a, b api.Entry) bool {
 	return a.Key == b.Key && slices.Equal(a.Vals, b.Vals)
 }
 
-// shown: a node in short, as nodeOf takes it.
+// shown: a node in short, the first eight of each list.
 func shown(s api.Schema, n api.Node) string {
 	text := strconv.Itoa(n.Level)
 	for _, e := range n.Entries[:min(len(n.Entries), 8)] {
