@@ -27,6 +27,20 @@ func Shares[Part any](a, b []Part) bool {
 	return false
 }
 
+// AnyTwoShare: do any two of some lists? (Of many lists they are too many to be held against each other.)
+func AnyTwoShare[Part any](lists [][]Part) bool {
+	met := map[*Part]int{}
+	for _, list := range lists {
+		list = list[:cap(list)]
+		for i := range list {
+			if met[&list[i]]++; met[&list[i]] > 1 {
+				return true
+			}
+		}
+	}
+	return false
+}
+
 // Overwrite: every place of a list, the room behind it too.
 func Overwrite[Part any](list []Part, with Part) {
 	list = list[:cap(list)]

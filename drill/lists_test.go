@@ -42,6 +42,9 @@ func TestSharedPlacesAreTold(t *testing.T) {
 	if drill.Shares(list[:3:3], list[3:]) || drill.Shares(list, nil) || drill.Shares(list, slices.Clone(list)) {
 		t.Error("a place is told that is not shared")
 	}
+	if !drill.AnyTwoShare([][]int{{1}, list[:3], nil, list[5:]}) || drill.AnyTwoShare([][]int{{1}, list[:3:3], nil, list[3:]}) || drill.AnyTwoShare[int](nil) {
+		t.Error("of several lists it is told wrongly which share")
+	}
 }
 
 func TestOverwriteReachesTheRoomBehind(t *testing.T) {

@@ -4,6 +4,7 @@ import (
 	"bytes"
 	"math"
 	"slices"
+	"strconv"
 	"strings"
 
 	"arbor/api"
@@ -90,6 +91,38 @@ func OverwriteMessage(m api.Message) {
 // Keys: short and long ones, of bytes at the edges.
 func Keys() []string {
 	return []string{"k", "\x00", "\xff", "kk", "a b", "\x01\x02\x03", "\xc3\xa9", strings.Repeat("x", 15), strings.Repeat("y", 16), strings.Repeat("\x00", 16), strings.Repeat("\xff", 16)}
+}
+
+// Key: the one of a number below 10000: short and long ones, in no plain order.
+func Key(number int) string {
+	text := strconv.Itoa(number * 7919 % 10007)
+	switch number % 5 {
+	case 0:
+		return "k" + text
+	case 1:
+		return strings.Repeat("k", 12-len(text)%5) + text[:min(len(text), 3)] + string(rune('0'+number/1000))
+	case 2:
+		return string([]byte{byte(number), byte(number / 256)})
+	}
+	return text
+}
+
+// SomeKey: any of the first so many.
+func SomeKey(numbers *Numbers, many int) string {
+	return Key(numbers.Below(many))
+}
+
+// SomeKeys: up to so many of them, one at least, now and then one that was there before.
+func SomeKeys(numbers *Numbers, many, most int) []string {
+	var keys []string
+	for range 1 + numbers.Below(most) {
+		key := SomeKey(numbers, many)
+		if len(keys) > 0 && numbers.Below(3) == 0 {
+			key = Pick(numbers, keys)
+		}
+		keys = append(keys, key)
+	}
+	return keys
 }
 
 // Message: one of a key for rows of the schema.

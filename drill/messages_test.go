@@ -133,3 +133,31 @@ func TestListsOfMessagesAsTexts(t *testing.T) {
 		t.Error("none or many are shown otherwise")
 	}
 }
+
+// Keys that are picked are keys, of many lengths; of one number there is one key.
+func TestKeysThatArePicked(t *testing.T) {
+	numbers := drill.Numbers(12)
+	lengths, twice := map[int]int{}, 0
+	for number := range 10000 {
+		key := drill.Key(number)
+		if message.CheckKey(key) != api.OK || drill.Key(number) != key {
+			t.Fatalf("the key of %d is %q", number, key)
+		}
+		lengths[len(key)]++
+	}
+	if len(lengths) < 7 {
+		t.Errorf("the lengths of keys are %v", lengths)
+	}
+	for range 200 {
+		keys := drill.SomeKeys(&numbers, 1000, 5)
+		if len(keys) < 1 || len(keys) > 5 {
+			t.Fatalf("%d keys", len(keys))
+		}
+		if len(keys) == 2 && keys[0] == keys[1] {
+			twice++
+		}
+	}
+	if twice < 5 || drill.SomeKey(&numbers, 1) != drill.Key(0) {
+		t.Errorf("%d times one key came twice", twice)
+	}
+}

@@ -1,6 +1,7 @@
 package drill
 
 import (
+	"maps"
 	"math"
 	"slices"
 	"strings"
@@ -30,6 +31,22 @@ func (f Fitting) Rows(more int) []api.Row {
 // SameRow: have two rows the same record, or both none?
 func SameRow(a, b api.Row) bool {
 	return a.Here == b.Here && slices.Equal(a.Vals, b.Vals)
+}
+
+// EntriesOf: those of the rows by their keys, within a range, in their order.
+func EntriesOf(rows map[string]api.Row, lo, hi string) []api.Entry {
+	var list []api.Entry
+	for _, key := range slices.Sorted(maps.Keys(rows)) {
+		if rows[key].Here && key >= lo && (hi == "" || key < hi) {
+			list = append(list, api.Entry{Key: key, Vals: rows[key].Vals})
+		}
+	}
+	return list
+}
+
+// SameEntries: are two lists of entries alike?
+func SameEntries(a, b []api.Entry) bool {
+	return slices.EqualFunc(a, b, func(a, b api.Entry) bool { return a.Key == b.Key && slices.Equal(a.Vals, b.Vals) })
 }
 
 // WrongRecords: lists of values that are no records of a schema.

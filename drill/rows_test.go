@@ -80,3 +80,28 @@ func TestSameRow(t *testing.T) {
 		t.Error("no values are not the same as none")
 	}
 }
+
+func TestEntriesOf(t *testing.T) {
+	s := drill.SchemaOf("n:int")
+	rows := map[string]api.Row{"c": drill.RowOf(s, "{n=3}"), "a": drill.RowOf(s, "{n=1}"), "b": {}, "\x00": drill.RowOf(s, "{n=0}")}
+	for _, x := range []struct{ lo, hi, want string }{
+		{"", "", `"\x00"{n=0} "a"{n=1} "c"{n=3} `}, {"a", "", `"a"{n=1} "c"{n=3} `}, {"", "c", `"\x00"{n=0} "a"{n=1} `}, {"a", "a", ""}, {"b", "z", `"c"{n=3} `}, {"d", "", ""},
+	} {
+		if got := drill.ShownEntries(s, drill.EntriesOf(rows, x.lo, x.hi)); got != x.want {
+			t.Errorf("from %q to %q: %s, want %s", x.lo, x.hi, got, x.want)
+		}
+	}
+}
+
+func TestSameEntries(t *testing.T) {
+	s := drill.Schemas()[0]
+	a, b := api.Entry{Key: "a", Vals: drill.Records(s)[0]}, api.Entry{Key: "b", Vals: drill.Records(s)[1]}
+	if !drill.SameEntries([]api.Entry{a, b}, []api.Entry{a, b}) || !drill.SameEntries(nil, []api.Entry{}) {
+		t.Error("lists are not the same as themselves")
+	}
+	for _, list := range [][]api.Entry{nil, {a}, {b, a}, {a, b, b}, {a, {Key: "b", Vals: a.Vals}}, {a, {Key: "c", Vals: b.Vals}}} {
+		if drill.SameEntries([]api.Entry{a, b}, list) {
+			t.Errorf("%v is the same as another one", list)
+		}
+	}
+}

@@ -101,6 +101,15 @@ func ShownRow(s api.Schema, row api.Row) string {
 	return text
 }
 
+// ShownEntries: each key as a literal, with its record.
+func ShownEntries(s api.Schema, list []api.Entry) string {
+	text := ""
+	for _, entry := range list {
+		text += value.Quote(entry.Key) + ShownRow(s, api.Row{Here: true, Vals: entry.Vals}) + " "
+	}
+	return text
+}
+
 // Shown: a program's text, whatever its length.
 func Shown(p []api.Stmt) string {
 	text, e := syntax.Print(p)

@@ -3,16 +3,17 @@ package pager
 import (
 	"arbor/api"
 	"arbor/frame"
+	"arbor/layout"
 )
 
 // blank: no super sector and no log of an earlier store is left. (That of generation 1 is written over by Format's commit.)
 func (p *Pager) blank() api.Errno {
-	sector := make([]byte, p.last.geometry.Sector)
+	sector := make([]byte, p.last.Geometry.Sector)
 	if e := p.disk.Write(0, sector); e != api.OK {
 		return e
 	}
-	for k := range p.last.geometry.Log {
-		if e := p.disk.Write(logAt+k, sector); e != api.OK {
+	for k := range p.last.Geometry.Log {
+		if e := p.disk.Write(layout.LogAt+k, sector); e != api.OK {
 			return e
 		}
 	}
@@ -20,12 +21,12 @@ func (p *Pager) blank() api.Errno {
 }
 
 func (p *Pager) writeBlock(block int, f api.Frame) api.Errno {
-	return p.write(blockAt(p.last.geometry, block), p.last.geometry.Per, f)
+	return p.write(layout.BlockAt(p.last.Geometry, block), p.last.Geometry.Per, f)
 }
 
 // write: a frame fills so many sectors from one on.
 func (p *Pager) write(at, sectors int, f api.Frame) api.Errno {
-	size := p.last.geometry.Sector
+	size := p.last.Geometry.Sector
 	b, e := frame.Seal(f, sectors*size)
 	if e != api.OK {
 		return e
@@ -39,9 +40,9 @@ func (p *Pager) write(at, sectors int, f api.Frame) api.Errno {
 }
 
 func (p *Pager) readBlock(block int) (api.Frame, api.Errno) {
-	at := blockAt(p.last.geometry, block)
+	at := layout.BlockAt(p.last.Geometry, block)
 	var b []byte
-	for k := range p.last.geometry.Per {
+	for k := range p.last.Geometry.Per {
 		sector, e := p.disk.Read(at + k)
 		if e != api.OK {
 			return api.Frame{}, e

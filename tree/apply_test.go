@@ -13,11 +13,11 @@ import (
 // refused: a call that is to be answered with an error: the tree holds what it held, in the same pages.
 func (w *world) refused(want api.Errno, ms ...api.Message) {
 	w.t.Helper()
-	root, left, pages := w.x.Root(), w.p.Left(), usedPages(w.p)
+	root, left, pages := w.x.Root(), w.p.Left(), drill.Pages(w.p)
 	if e := w.x.Apply(ms...); e != want {
 		w.t.Fatalf("%v: Apply(%s) = %d, want %d", w.c, drill.ShownMessages(w.s, ms), e, want)
 	}
-	if w.x.Root() != root || w.p.Left() != left || !slices.Equal(usedPages(w.p), pages) {
+	if w.x.Root() != root || w.p.Left() != left || !slices.Equal(drill.Pages(w.p), pages) {
 		w.t.Fatalf("%v: a call that was refused changed the pages: root %d, was %d, %d left, were %d", w.c, w.x.Root(), root, w.p.Left(), left)
 	}
 }
@@ -25,10 +25,10 @@ func (w *world) refused(want api.Errno, ms ...api.Message) {
 // P17.7: what message.Check refuses, from the first message on, ahead of all else.
 func TestApplyOfWrongMessages(t *testing.T) {
 	for _, s := range drill.Schemas() {
-		w := plant(t, geometryOf(exampleMeasures, 300), s, exampleMeasures)
+		w := plant(t, drill.GeometryOf(exampleMeasures, 300), s, exampleMeasures)
 		f := drill.Fitting{Schema: s, Numbers: new(drill.Numbers)}
 		for number := range 9 {
-			w.apply(putOf(f, keyOf(number)))
+			w.apply(putOf(f, drill.Key(number)))
 		}
 		wrong := drill.WrongMessages(s)
 		was := w.d.Stats()
@@ -65,9 +65,9 @@ func TestApplyOfWrongMessages(t *testing.T) {
 // P17.7, P17.8, P17.9: one message at a time, and many: of every measures, while a tree grows, shrinks, and grows again.
 func TestGrowsAndShrinks(t *testing.T) {
 	numbers := drill.Numbers(180)
-	for _, c := range measures() {
+	for _, c := range drill.Measures() {
 		for _, most := range []int{1, 4, 60} {
-			w := plant(t, geometryOf(c, 700), drill.Pick(&numbers, drill.Schemas()), c)
+			w := plant(t, drill.GeometryOf(c, 700), drill.Pick(&numbers, drill.Schemas()), c)
 			f := drill.Fitting{Schema: w.s, Numbers: &numbers}
 			for phase := range 4 {
 				for i := range 30 {
@@ -128,7 +128,7 @@ func TestEveryShortScript(t *testing.T) {
 		steps = append(steps, drill.MessageOf(s, "put "+key+" {n=1}"), deleteOf(key))
 	}
 	steps = append(steps, drill.MessageOf(s, "upsert b new; push 1; addto 0"), drill.MessageOf(s, "upsert c push 1; addto 0"))
-	g := geometryOf(exampleMeasures, 60)
+	g := drill.GeometryOf(exampleMeasures, 60)
 	for length := range 5 {
 		drill.Scripts(steps, length, func(script []api.Message) {
 			w := plant(t, g, s, exampleMeasures)
@@ -147,8 +147,8 @@ func TestEveryShortScript(t *testing.T) {
 // P17.8: whatever was committed, cancelled, refused or loaded anew meanwhile.
 func TestLongScripts(t *testing.T) {
 	numbers := drill.Numbers(181)
-	for _, c := range measures() {
-		w := plant(t, geometryOf(c, 1900), drill.Pick(&numbers, drill.Schemas()), c)
+	for _, c := range drill.Measures() {
+		w := plant(t, drill.GeometryOf(c, 1900), drill.Pick(&numbers, drill.Schemas()), c)
 		f := drill.Fitting{Schema: w.s, Numbers: &numbers}
 		wrong := drill.WrongMessages(w.s)
 		for range 400 {
@@ -212,10 +212,10 @@ func (w *world) otherPages(numbers *drill.Numbers) {
 // P17.7: where the pager has no room the call is refused, whole, and the tree goes on.
 func TestFullPager(t *testing.T) {
 	numbers := drill.Numbers(182)
-	for _, c := range measures() {
+	for _, c := range drill.Measures() {
 		full, accepted := 0, 0
 		for _, blocks := range []int{4, 7, 12, 20, 33} {
-			w := plant(t, geometryOf(c, blocks), drill.Pick(&numbers, drill.Schemas()), c)
+			w := plant(t, drill.GeometryOf(c, blocks), drill.Pick(&numbers, drill.Schemas()), c)
 			f := drill.Fitting{Schema: w.s, Numbers: &numbers}
 			for range 60 {
 				if w.mayBeFull(some(f, 60*c.Leaf, 1+numbers.Below(60))...) {
@@ -255,12 +255,12 @@ func (w *world) mayBeFull(ms ...api.Message) bool {
 // P17.7: where a page cannot be read that the call needs, it is refused, whole.
 func TestApplyOverDamage(t *testing.T) {
 	numbers := drill.Numbers(183)
-	for _, c := range measures() {
+	for _, c := range drill.Measures() {
 		w := grown(t, c, &numbers, 30)
 		f := drill.Fitting{Schema: w.s, Numbers: &numbers}
 		met := 0
 		for _, bad := range w.shape() {
-			hurt := w.damaged(func(at spot) bool { return at.block != bad.block })
+			hurt := w.damaged(func(at drill.Spot) bool { return at.Block != bad.Block })
 			for range 10 {
 				root, left := hurt.x.Root(), hurt.p.Left()
 				e := hurt.x.Apply(some(f, 40, 30)...)
@@ -282,7 +282,7 @@ func TestApplyOverDamage(t *testing.T) {
 // P17.7: where the power goes the call is refused: Root is what it was.
 func TestApplyWithoutPower(t *testing.T) {
 	numbers := drill.Numbers(184)
-	for _, c := range measures()[:4] {
+	for _, c := range drill.Measures()[:4] {
 		for arm := range 40 {
 			w := grown(t, c, &numbers, 8)
 			f := drill.Fitting{Schema: w.s, Numbers: &numbers}
@@ -308,9 +308,9 @@ func TestApplyWithoutPower(t *testing.T) {
 // P17.12: a tree that is loaded anew ahead of every call does just what one does that is not, to the page.
 func TestLoadedAnewDoesTheSame(t *testing.T) {
 	numbers := drill.Numbers(185)
-	for _, c := range measures() {
+	for _, c := range drill.Measures() {
 		s := drill.Pick(&numbers, drill.Schemas())
-		a, b := plant(t, geometryOf(c, 200), s, c), plant(t, geometryOf(c, 200), s, c)
+		a, b := plant(t, drill.GeometryOf(c, 200), s, c), plant(t, drill.GeometryOf(c, 200), s, c)
 		f := drill.Fitting{Schema: s, Numbers: &numbers}
 		for i := range 150 {
 			ms := some(f, 40, 4)

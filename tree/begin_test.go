@@ -15,8 +15,8 @@ import (
 // P17.1: one page is written, none is read: a leaf without entries.
 func TestNew(t *testing.T) {
 	for _, s := range drill.Schemas() {
-		for _, c := range measures() {
-			w := plant(t, geometryOf(c, 9), s, c)
+		for _, c := range drill.Measures() {
+			w := plant(t, drill.GeometryOf(c, 9), s, c)
 			var x *tree.Tree
 			if reads, writes := w.costs(func() { x = w.newTree() }); reads != 0 || writes != 1 {
 				t.Errorf("New(%v) reads %d pages and writes %d", c, reads, writes)
@@ -84,7 +84,7 @@ func TestWrongBeginnings(t *testing.T) {
 
 // P17.1: the pager's error.
 func TestNewWithoutRoomOrPower(t *testing.T) {
-	w := plant(t, geometryOf(exampleMeasures, 4), drill.SchemaOf("n:int"), exampleMeasures)
+	w := plant(t, drill.GeometryOf(exampleMeasures, 4), drill.SchemaOf("n:int"), exampleMeasures)
 	w.newTree()
 	if x, e := tree.New(w.p, w.s, w.c); x != nil || e != api.ErrFull {
 		t.Errorf("New in a full pager = %v, %d", x, e)
@@ -105,7 +105,7 @@ func TestNewWithoutRoomOrPower(t *testing.T) {
 // P17.2: of a tree that is loaded the root's page is read, once, and no other; it holds the same.
 func TestLoad(t *testing.T) {
 	numbers := drill.Numbers(171)
-	for _, c := range measures() {
+	for _, c := range drill.Measures() {
 		w := grown(t, c, &numbers, 60)
 		var x *tree.Tree
 		if reads, writes := w.costs(func() { x = w.load(w.p, w.x.Root()) }); reads != 1 || writes != 0 {
@@ -115,7 +115,7 @@ func TestLoad(t *testing.T) {
 		if x.Root() != w.x.Root() {
 			t.Errorf("Load(%d): Root = %d", w.x.Root(), x.Root())
 		}
-		hurt := w.damaged(func(at spot) bool { return at.block == w.x.Root() })
+		hurt := w.damaged(func(at drill.Spot) bool { return at.Block == w.x.Root() })
 		w.load(hurt.p, w.x.Root())
 	}
 }
@@ -128,7 +128,7 @@ func TestLoadOfNoPage(t *testing.T) {
 			t.Errorf("Load(%d) = %v, %d", block, x, e)
 		}
 	}
-	hurt := w.damaged(func(spot) bool { return false })
+	hurt := w.damaged(func(drill.Spot) bool { return false })
 	if x, e := tree.Load(hurt.p, w.s, w.c, w.x.Root()); x != nil || e != api.ErrDamaged {
 		t.Errorf("Load of a damaged page = %v, %d", x, e)
 	}
@@ -193,23 +193,23 @@ func TestLoadOfNoNode(t *testing.T) {
 // P17.3: the root's page is read, once.
 func TestHeight(t *testing.T) {
 	numbers := drill.Numbers(172)
-	for _, c := range measures() {
+	for _, c := range drill.Measures() {
 		w := grown(t, c, &numbers, 50)
 		levels := map[int]int{}
 		for _, at := range w.spots(w.p, w.x.Root()) {
-			levels[at.n.Level]++
+			levels[at.Node.Level]++
 		}
 		reads, writes := w.costs(func() { w.wantHeight(len(levels)) })
 		if reads != 1 || writes != 0 {
 			t.Errorf("Height reads %d pages and writes %d", reads, writes)
 		}
-		hurt := w.damaged(func(at spot) bool { return at.n.Level == len(levels) })
+		hurt := w.damaged(func(at drill.Spot) bool { return at.Node.Level == len(levels) })
 		hurt.wantHeight(len(levels))
 		hurt.kill()
 		if high, e := hurt.x.Height(); e != api.ErrPower || high != 0 {
 			t.Errorf("Height without power = %d, %d", high, e)
 		}
-		hurt = w.damaged(func(at spot) bool { return false })
+		hurt = w.damaged(func(at drill.Spot) bool { return false })
 		if high, e := hurt.x.Height(); e != api.ErrDamaged || high != 0 {
 			t.Errorf("Height of a damaged root = %d, %d", high, e)
 		}

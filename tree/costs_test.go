@@ -20,7 +20,7 @@ type ledger struct {
 
 func newLedger(t *testing.T, s api.Schema, c api.Config) *ledger {
 	t.Helper()
-	w := plant(t, geometryOf(c, 1900), s, c)
+	w := plant(t, drill.GeometryOf(c, 1900), s, c)
 	return &ledger{world: w, high: 1, keys: map[string]int{}, putsAlone: true, noUpserts: true}
 }
 
@@ -95,7 +95,7 @@ func inOrder(number int) string {
 // P17.10, 1 to 3: puts alone.
 func TestCostsOfPuts(t *testing.T) {
 	numbers := drill.Numbers(186)
-	for _, c := range measures() {
+	for _, c := range drill.Measures() {
 		for _, order := range orders(&numbers) {
 			l := newLedger(t, drill.Pick(&numbers, drill.Schemas()), c)
 			f := drill.Fitting{Schema: l.s, Numbers: &numbers}
@@ -111,7 +111,7 @@ func TestCostsOfPuts(t *testing.T) {
 func TestCostsOfPutsAndDeletes(t *testing.T) {
 	numbers := drill.Numbers(187)
 	s := drill.SchemaOf("n:int")
-	for _, c := range measures() {
+	for _, c := range drill.Measures() {
 		list := orders(&numbers)
 		for i, order := range list {
 			l := newLedger(t, s, c)
@@ -135,7 +135,7 @@ func TestCostsAtTheEdge(t *testing.T) {
 	s := drill.SchemaOf("n:int")
 	numbers := drill.Numbers(188)
 	f := drill.Fitting{Schema: s, Numbers: &numbers}
-	for _, c := range measures() {
+	for _, c := range drill.Measures() {
 		for _, swing := range []int{1, 2, 7, 30} {
 			l := newLedger(t, s, c)
 			for at := range 60 {
@@ -161,7 +161,7 @@ func TestCostsAtTheEdge(t *testing.T) {
 // P17.10, 1 and 2: messages of all kinds.
 func TestCostsOfAllKinds(t *testing.T) {
 	numbers := drill.Numbers(189)
-	for _, c := range measures() {
+	for _, c := range drill.Measures() {
 		for _, keys := range []int{10, 60, 300} {
 			l := newLedger(t, drill.Pick(&numbers, drill.Schemas()), c)
 			f := drill.Fitting{Schema: l.s, Numbers: &numbers}

@@ -34,7 +34,7 @@ func forge(w *world, f drill.Fitting, levels int) int {
 func forgedLeaf(f drill.Fitting, most int) api.Node {
 	n := api.Node{Level: 1}
 	for range f.Numbers.Below(most + 1) {
-		n.Entries = append(n.Entries, api.Entry{Key: someKey(f.Numbers, 30), Vals: f.Record()})
+		n.Entries = append(n.Entries, api.Entry{Key: drill.SomeKey(f.Numbers, 30), Vals: f.Record()})
 	}
 	slices.SortFunc(n.Entries, func(a, b api.Entry) int { return strings.Compare(a.Key, b.Key) })
 	n.Entries = slices.CompactFunc(n.Entries, func(a, b api.Entry) bool { return a.Key == b.Key })
@@ -43,9 +43,9 @@ func forgedLeaf(f drill.Fitting, most int) api.Node {
 
 // forgedInner: pivots and messages wherever chance puts them.
 func forgedInner(f drill.Fitting, level int, below []int) api.Node {
-	n := api.Node{Level: level, Pivots: []string{someKey(f.Numbers, 30)}}
+	n := api.Node{Level: level, Pivots: []string{drill.SomeKey(f.Numbers, 30)}}
 	for range f.Numbers.Below(min(3, len(below)-1)) {
-		n.Pivots = append(n.Pivots, someKey(f.Numbers, 30))
+		n.Pivots = append(n.Pivots, drill.SomeKey(f.Numbers, 30))
 	}
 	slices.Sort(n.Pivots)
 	n.Pivots = slices.Compact(n.Pivots)
@@ -57,7 +57,7 @@ func forgedInner(f drill.Fitting, level int, below []int) api.Node {
 		n.Kids[0] = 0 // the map's block
 	}
 	for range f.Numbers.Below(4) {
-		m := f.Message(someKey(f.Numbers, 30))
+		m := f.Message(drill.SomeKey(f.Numbers, 30))
 		if sizeOf(f.Schema, append(n.Msgs, m)...) <= 115 {
 			n.Msgs = append(n.Msgs, m)
 		}
@@ -70,8 +70,8 @@ func TestForgedTrees(t *testing.T) {
 	numbers := drill.Numbers(198)
 	ended := map[api.Errno]int{}
 	for try := range 400 {
-		c := measures()[try%4]
-		w := plant(t, geometryOf(c, 400), drill.Pick(&numbers, drill.Schemas()), c)
+		c := drill.Measures()[try%4]
+		w := plant(t, drill.GeometryOf(c, 400), drill.Pick(&numbers, drill.Schemas()), c)
 		f := drill.Fitting{Schema: w.s, Numbers: &numbers}
 		root := forge(w, f, 1+numbers.Below(5))
 		x, e := tree.Load(w.p, w.s, c, root)
@@ -86,9 +86,9 @@ func TestForgedTrees(t *testing.T) {
 			if e != api.OK && (x.Root() != root || w.p.Left() != left) {
 				t.Fatalf("%v: a call that was refused with %d changed the pages", c, e)
 			}
-			x.Get(someKey(&numbers, 30))
+			x.Get(drill.SomeKey(&numbers, 30))
 			x.Height()
-			x.Scan(someKey(&numbers, 30), someKey(&numbers, 30), 5)
+			x.Scan(drill.SomeKey(&numbers, 30), drill.SomeKey(&numbers, 30), 5)
 			all(x, "", "", 1000)
 		}
 		if e := w.p.Begin(); e != api.OK {
@@ -104,10 +104,10 @@ func TestForgedTrees(t *testing.T) {
 func TestOtherMeasures(t *testing.T) {
 	numbers := drill.Numbers(199)
 	big := api.Config{Fanout: 64, Leaf: 64, Buffer: 6000}
-	for _, c := range measures() {
-		for _, other := range measures() {
+	for _, c := range drill.Measures() {
+		for _, other := range drill.Measures() {
 			s := drill.Pick(&numbers, drill.Schemas())
-			w := plant(t, geometryOf(big, 900), s, c)
+			w := plant(t, drill.GeometryOf(big, 900), s, c)
 			f := drill.Fitting{Schema: s, Numbers: &numbers}
 			for range 60 {
 				w.apply(some(f, 80, 4)...)
@@ -160,7 +160,7 @@ func (w *world) comb(high int) *tree.Tree {
 // Of a level above 255 there is no page: a root of that level that would have to be split cannot be.
 func TestHighestLevel(t *testing.T) {
 	for high := 252; high <= 255; high++ {
-		w := plant(t, geometryOf(exampleMeasures, 1900), drill.SchemaOf("n:int"), exampleMeasures)
+		w := plant(t, drill.GeometryOf(exampleMeasures, 1900), drill.SchemaOf("n:int"), exampleMeasures)
 		f := drill.Fitting{Schema: w.s, Numbers: new(drill.Numbers)}
 		w.x = w.comb(high)
 		var ms []api.Message

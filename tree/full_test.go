@@ -10,7 +10,7 @@ import (
 // P17.11: a pager of 8k + 15 + o blocks is never too small for k keys and o pages of somebody else, whatever was committed when.
 func TestNeverFull(t *testing.T) {
 	numbers := drill.Numbers(191)
-	for _, c := range measures()[:7] {
+	for _, c := range drill.Measures()[:7] {
 		for _, keys := range []int{1, 2, 3, 5, 13, 40} {
 			for _, others := range []int{0, 9} {
 				for commits := range 3 {
@@ -24,7 +24,7 @@ func TestNeverFull(t *testing.T) {
 // neverFull: commits are none, some or one behind every call.
 func neverFull(t *testing.T, c api.Config, numbers *drill.Numbers, keys, others, commits int) {
 	t.Helper()
-	w := plant(t, geometryOf(c, 8*keys+15+others), drill.Pick(numbers, drill.Schemas()), c)
+	w := plant(t, drill.GeometryOf(c, 8*keys+15+others), drill.Pick(numbers, drill.Schemas()), c)
 	f := drill.Fitting{Schema: w.s, Numbers: numbers}
 	for i := range 40 {
 		ms := some(f, keys, 1+numbers.Below(3*keys))
@@ -35,7 +35,7 @@ func neverFull(t *testing.T, c api.Config, numbers *drill.Numbers, keys, others,
 		}
 		if i%20 == 19 {
 			for number := range keys {
-				ms = append(ms, deleteOf(keyOf(number)))
+				ms = append(ms, deleteOf(drill.Key(number)))
 			}
 		}
 		w.apply(ms...)
@@ -54,14 +54,14 @@ func neverFull(t *testing.T, c api.Config, numbers *drill.Numbers, keys, others,
 // P17.11: so it is for the greatest trees: all the keys in one call, changed in one call, and gone in one call.
 func TestNeverFullInGreatCalls(t *testing.T) {
 	numbers := drill.Numbers(192)
-	for _, c := range measures()[:5] {
+	for _, c := range drill.Measures()[:5] {
 		for _, keys := range []int{7, 60, 180} {
-			w := plant(t, geometryOf(c, 8*keys+15), drill.Pick(&numbers, drill.Schemas()), c)
+			w := plant(t, drill.GeometryOf(c, 8*keys+15), drill.Pick(&numbers, drill.Schemas()), c)
 			f := drill.Fitting{Schema: w.s, Numbers: &numbers}
 			for round := range 4 {
 				var puts, deletes []api.Message
 				for number := range keys {
-					puts, deletes = append(puts, putOf(f, keyOf(number))), append(deletes, deleteOf(keyOf(number*3%keys)))
+					puts, deletes = append(puts, putOf(f, drill.Key(number))), append(deletes, deleteOf(drill.Key(number*3%keys)))
 				}
 				for _, ms := range [][]api.Message{puts, puts, deletes[:keys/2], puts, deletes, puts[keys/2:], deletes} {
 					w.apply(ms...)
@@ -80,8 +80,8 @@ func TestNeverFullInGreatCalls(t *testing.T) {
 // P17.11, R6: two trees share a pager's blocks and nothing else; each is somebody else to the other.
 func TestTwoTrees(t *testing.T) {
 	numbers := drill.Numbers(193)
-	for _, c := range measures()[:4] {
-		a := plant(t, geometryOf(c, 1900), drill.Schemas()[0], c)
+	for _, c := range drill.Measures()[:4] {
+		a := plant(t, drill.GeometryOf(c, 1900), drill.Schemas()[0], c)
 		b := &world{t: t, s: drill.Schemas()[1], c: c, d: a.d, p: a.p, rows: map[string]api.Row{}}
 		b.x = b.newTree()
 		f, g := drill.Fitting{Schema: a.s, Numbers: &numbers}, drill.Fitting{Schema: b.s, Numbers: &numbers}
@@ -103,8 +103,8 @@ func TestTwoTrees(t *testing.T) {
 func pagesOf(w *world) map[int]string {
 	pages := map[int]string{}
 	for _, at := range w.spots(w.p, w.x.Root()) {
-		f, _ := w.p.Get(at.block)
-		pages[at.block] = string(f.Body)
+		f, _ := w.p.Get(at.Block)
+		pages[at.Block] = string(f.Body)
 	}
 	return pages
 }

@@ -25,8 +25,8 @@ func roomyMessages(ms []api.Message) []api.Message {
 // P17.14, R5: messages and schemas that are handed in are neither changed nor kept: what becomes of them later is not seen.
 func TestArgumentsAreNotKept(t *testing.T) {
 	numbers := drill.Numbers(196)
-	for _, c := range measures() {
-		w := plant(t, geometryOf(c, 900), drill.Pick(&numbers, drill.Schemas()), c)
+	for _, c := range drill.Measures() {
+		w := plant(t, drill.GeometryOf(c, 900), drill.Pick(&numbers, drill.Schemas()), c)
 		f := drill.Fitting{Schema: w.s, Numbers: &numbers}
 		fields := drill.Roomy(w.s.Fields, spareField)
 		x, e := tree.New(w.p, api.Schema{Fields: fields}, c)
@@ -68,7 +68,7 @@ func TestArgumentsAreNotKept(t *testing.T) {
 // P17.14, R5: what is answered is new memory: no two lists of it share any, and what is done to it is not seen.
 func TestAnswersShareNothing(t *testing.T) {
 	numbers := drill.Numbers(197)
-	for _, c := range measures() {
+	for _, c := range drill.Measures() {
 		w := grown(t, c, &numbers, 60)
 		var lists [][]api.Value
 		for range 2 {
@@ -84,7 +84,7 @@ func TestAnswersShareNothing(t *testing.T) {
 				lists = append(lists, row.Vals)
 			}
 		}
-		if anyTwoShare(lists) {
+		if drill.AnyTwoShare(lists) {
 			t.Fatalf("%v: two answers share memory", c)
 		}
 		for _, vals := range lists {
@@ -96,20 +96,6 @@ func TestAnswersShareNothing(t *testing.T) {
 		}
 		w.holds(w.x)
 	}
-}
-
-// anyTwoShare: the room behind the lists counts too.
-func anyTwoShare(lists [][]api.Value) bool {
-	met := map[*api.Value]int{}
-	for _, list := range lists {
-		list = list[:cap(list)]
-		for i := range list {
-			if met[&list[i]]++; met[&list[i]] > 1 {
-				return true
-			}
-		}
-	}
-	return false
 }
 
 // R3: a nil tree.
@@ -156,9 +142,9 @@ func TestNoMessages(t *testing.T) {
 // R1: calls of many messages end, and happen whole or not at all.
 func TestManyMessages(t *testing.T) {
 	s := drill.SchemaOf("n:int")
-	for _, c := range []api.Config{measures()[0], measures()[7]} {
+	for _, c := range []api.Config{drill.Measures()[0], drill.Measures()[7]} {
 		for _, before := range []int{0, 100} {
-			w := plant(t, geometryOf(c, 300), s, c)
+			w := plant(t, drill.GeometryOf(c, 300), s, c)
 			f := drill.Fitting{Schema: s, Numbers: new(drill.Numbers)}
 			for number := range before {
 				w.apply(putOf(f, inOrder(number*600)))

@@ -3,6 +3,7 @@ package tree
 import (
 	"arbor/api"
 	"arbor/node"
+	"arbor/nodepage"
 )
 
 // anyLevel: nothing above the root says of which level it is.
@@ -14,7 +15,7 @@ func (t *Tree) read(block, level int) (api.Node, api.Errno) {
 	if e != api.OK {
 		return api.Node{}, e
 	}
-	n, is := nodeOf(t.schema, f)
+	n, is := nodepage.Of(t.schema, f)
 	if !is || level != anyLevel && n.Level != level {
 		return api.Node{}, api.ErrDamaged
 	}
@@ -27,21 +28,5 @@ func (t *Tree) put(n api.Node) (int, api.Errno) {
 	if e != api.OK {
 		return 0, api.ErrDamaged
 	}
-	return t.pages.Put(kindOf(n), body)
-}
-
-// nodeOf: the node whose page a frame is, if it is one's.
-func nodeOf(s api.Schema, f api.Frame) (api.Node, bool) {
-	n, e := node.Decode(s, f.Body)
-	if e != api.OK || f.Kind != kindOf(n) {
-		return api.Node{}, false
-	}
-	return n, true
-}
-
-func kindOf(n api.Node) byte {
-	if n.Level == 1 {
-		return api.KindLeaf
-	}
-	return api.KindInner
+	return t.pages.Put(nodepage.Kind(n), body)
 }

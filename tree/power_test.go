@@ -27,9 +27,9 @@ func (w *world) survived(keep []bool, last, next map[string]api.Row) *world {
 // P17.13: the power goes at every write of some calls and commits, and any of the waiting writes survive.
 func TestEveryLossOfPower(t *testing.T) {
 	numbers := drill.Numbers(194)
-	for _, c := range measures()[:4] {
+	for _, c := range drill.Measures()[:4] {
 		for arm, more := 0, true; more; arm++ {
-			w := plant(t, geometryOf(c, 120), drill.Schemas()[arm%2], c)
+			w := plant(t, drill.GeometryOf(c, 120), drill.Schemas()[arm%2], c)
 			f := drill.Fitting{Schema: w.s, Numbers: &numbers}
 			for range 6 {
 				w.apply(some(f, 15, 4)...)
@@ -75,8 +75,8 @@ func (w *world) tillDark(f drill.Fitting) bool {
 // P17.13: again and again: each loss of power leaves a tree that goes on.
 func TestManyLossesOfPower(t *testing.T) {
 	numbers := drill.Numbers(195)
-	for _, c := range measures() {
-		w := plant(t, geometryOf(c, 400), drill.Pick(&numbers, drill.Schemas()), c)
+	for _, c := range drill.Measures() {
+		w := plant(t, drill.GeometryOf(c, 400), drill.Pick(&numbers, drill.Schemas()), c)
 		w.commit()
 		f := drill.Fitting{Schema: w.s, Numbers: &numbers}
 		for range 30 {
