@@ -14,14 +14,14 @@ import (
 	"arbor/value"
 )
 
-// The book: what the chapter says, told in its own order and without haste. Which tokens are a program, grammar_test.go tells; what they mean is told here by cutting right ones apart where they bind least.
+// The book: what the chapter says, told in its own order and without haste. Which tokens are a program, the grammar of grammar_test.go tells; what they mean is told here by cutting right ones apart where they bind least.
 
 func bookParse(src string) ([]api.Stmt, api.Errno, int) {
 	tokens, e, at := lexer.Lex(src)
 	if e != api.OK {
 		return nil, e, at
 	}
-	if place, right := bookPlace(ofPrograms, tokens, len(src)); !right {
+	if place, right := ofPrograms.Place(tokens, len(src)); !right {
 		return nil, api.ErrSyntax, place
 	}
 	if begins := bookBegins(tokens); len(begins) > 32 {
@@ -39,7 +39,7 @@ func bookParseExpr(src string) (api.Expr, api.Errno, int) {
 	if e != api.OK {
 		return api.Expr{}, e, at
 	}
-	if place, right := bookPlace(ofExprs, tokens, len(src)); !right {
+	if place, right := ofExprs.Place(tokens, len(src)); !right {
 		return api.Expr{}, api.ErrSyntax, place
 	}
 	x := bookExpr(tokens)

@@ -21,77 +21,27 @@ func nested(op, times int, e api.Expr) api.Expr {
 
 const allTexts = `n 7 9223372036854775808 "s" and cat clear delete else false has here if len max min new not or pick true == != <= >= += ?? = < > + - * ( ) { } , ;`
 
-// growth: sources that are grown token by token, as long as some text goes on so.
-type growth struct {
-	t     *testing.T
-	texts []string
-	walk  *walk
-	ask   func(*testing.T, string) // of sources that are the beginning of a text
-	wrong func(string, int)        // of sources that are none: where they went wrong
-	tried int
-}
-
-func grow(t *testing.T, g *grammar, texts string, longest int, ask func(*testing.T, string), wrong func(string, int)) {
-	all := growth{t: t, texts: strings.Fields(texts), walk: walkOf(g), ask: ask, wrong: wrong}
-	all.from("", longest)
-	t.Logf("%d sources", all.tried)
-}
-
-func (g *growth) from(src string, more int) {
-	g.tried++
-	g.ask(g.t, src)
-	if more == 0 {
-		return
-	}
-	for _, text := range g.texts {
-		tokens, _, _ := lexer.Lex(text)
-		longer := strings.TrimPrefix(src+" "+text, " ")
-		if g.walk.goOn(tokens[0]) {
-			g.from(longer, more-1)
-			g.walk.back()
-		} else {
-			g.tried++
-			g.wrong(longer, len(longer)-len(text))
-		}
-	}
-}
-
-// wrongProgram: no program, whatever comes behind.
-func wrongProgram(t *testing.T) func(string, int) {
-	return func(src string, place int) {
-		wantProgram(t, src, nil, api.ErrSyntax, place)
-		wantProgram(t, src+" ;;)", nil, api.ErrSyntax, place)
-	}
-}
-
-func wrongExpr(t *testing.T) func(string, int) {
-	return func(src string, place int) {
-		wantTree(t, src, api.Expr{}, api.ErrSyntax, place)
-		wantTree(t, src+" ;;)", api.Expr{}, api.ErrSyntax, place)
-	}
-}
-
 // P8.1: every short row of tokens is a program, the beginning of one, or wrong at a token.
 func TestEveryShortProgram(t *testing.T) {
-	grow(t, ofPrograms, allTexts, 4, wantParse, wrongProgram(t))
+	growPrograms(t, allTexts, 4)
 }
 
 // P8.1: statements, blocks and what stands between them.
 func TestEveryRowOfStatements(t *testing.T) {
-	grow(t, ofPrograms, "n = new clear if here { } else ;", 9, wantParse, wrongProgram(t))
+	growPrograms(t, "n = new clear if here { } else ;", 9)
 }
 
 // P8.2: every short row of tokens is an expression, the beginning of one, or wrong at a token.
 func TestEveryShortExpr(t *testing.T) {
-	grow(t, ofExprs, allTexts, 3, wantParseExpr, wrongExpr(t))
+	growExprs(t, allTexts, 3)
 }
 
 // P8.1, P8.2: which operator binds what.
 func TestEveryRowOfOperators(t *testing.T) {
-	grow(t, ofExprs, "a 7 - + * ?? == and or not", 5, wantParseExpr, wrongExpr(t))
-	grow(t, ofExprs, "a - * ?? < not ( )", 6, wantParseExpr, wrongExpr(t))
-	grow(t, ofExprs, "7 9223372036854775808 - ( )", 6, wantParseExpr, wrongExpr(t))
-	grow(t, ofExprs, "a min len pick ( ) ,", 7, wantParseExpr, wrongExpr(t))
+	growExprs(t, "a 7 - + * ?? == and or not", 5)
+	growExprs(t, "a - * ?? < not ( )", 6)
+	growExprs(t, "7 9223372036854775808 - ( )", 6)
+	growExprs(t, "a min len pick ( ) ,", 7)
 }
 
 // P8.1: all comparisons, and operators of all ranks in every order.
