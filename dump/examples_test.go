@@ -73,7 +73,7 @@ func TestFourthExample(t *testing.T) {
 	b := exampleDump(t)
 	sh := newShop(t, drill.SchemaOf("n:int"), drill.Measures()[0], 100)
 	for _, size := range []int{159, 8193} {
-		if b, e := dump.Save(sh.x, size); len(b) > 0 || e != api.ErrArg {
+		if b, e := dump.Save(sh.Store, size); len(b) > 0 || e != api.ErrArg {
 			t.Errorf("Save(%d) = %d bytes, %d", size, len(b), e)
 		}
 	}

@@ -26,11 +26,11 @@ func TestSavedAndLoadedAgain(t *testing.T) {
 	numbers := drill.Numbers(651)
 	for i, c := range drill.Measures() {
 		sh := grown(t, drill.Schemas()[i%2], c, &numbers, 30)
-		size, list := drill.Pick(&numbers, sizes()), sh.entries()
+		size, list := drill.Pick(&numbers, sizes()), sh.Entries()
 		first := sh.saves(size)
 		b := first
 		for number, to := range drill.Measures() {
-			x := loads(t, b, size, sh.s, list, drill.GeometryOf(to, 8*len(list)+16+numbers.Below(50)), to)
+			x := loads(t, b, size, sh.Schema, list, drill.GeometryOf(to, 8*len(list)+16+numbers.Below(50)), to)
 			again, e := dump.Save(x, size)
 			if e != api.OK || !bytes.Equal(butForSeq(again, size), butForSeq(first, size)) {
 				t.Fatalf("%v to %v: saved again, %d bytes, %d, are others than %d", c, to, len(again), e, len(first))
@@ -44,7 +44,7 @@ func TestSavedAndLoadedAgain(t *testing.T) {
 			b = again
 		}
 		if bytes.Equal(b, first) {
-			t.Errorf("%v: Seq %d is not seen in the bytes", c, sh.seq)
+			t.Errorf("%v: Seq %d is not seen in the bytes", c, sh.Seq)
 		}
 	}
 }
@@ -55,9 +55,9 @@ func TestSavedInAnotherSize(t *testing.T) {
 	sh := grown(t, drill.Schemas()[0], drill.Measures()[2], &numbers, 30)
 	for _, from := range sizes() {
 		for _, to := range sizes() {
-			x := loads(t, sh.saves(from), from, sh.s, sh.entries(), drill.GeometryOf(sh.c, 300), sh.c)
+			x := loads(t, sh.saves(from), from, sh.Schema, sh.Entries(), drill.GeometryOf(sh.Config, 300), sh.Config)
 			b, e := dump.Save(x, to)
-			if e != api.OK || !drill.SameEntries(listOf(b, to, -1), sh.entries()) {
+			if e != api.OK || !drill.SameEntries(listOf(b, to, -1), sh.Entries()) {
 				t.Fatalf("from %d to %d: Save = %d bytes, %d", from, to, len(b), e)
 			}
 		}

@@ -16,21 +16,11 @@ import (
 
 // byHand: what P22.4 says that Load does to a disk, call by call.
 func byHand(d *disk.Disk, g api.Geometry, c api.Config, s api.Schema, list []api.Entry) api.Errno {
-	x, e := store.Create(d, g, c, s)
+	x, e := drill.Filled(d, g, c, s, list)
 	if e != api.OK {
 		return e
 	}
-	for _, entry := range list {
-		if e := x.Put(entry.Key, entry.Vals...); e != api.OK {
-			return e
-		}
-	}
 	return x.Checkpoint()
-}
-
-// alike: hold two disks the same, and were they asked as often?
-func alike(a, b *disk.Disk) bool {
-	return bytes.Equal(a.Image(), b.Image()) && a.Stats() == b.Stats() && a.Dead() == b.Dead() && slices.EqualFunc(a.Pending(), b.Pending(), sameWrite)
 }
 
 // holds: has a store just these entries?
@@ -45,12 +35,12 @@ func holds(t *testing.T, what string, x *store.Store, list []api.Entry) {
 // loads: Load does to the disk what is done by hand to another one, and the store holds the entries: those that are durable, too.
 func loads(t *testing.T, b []byte, size int, s api.Schema, list []api.Entry, g api.Geometry, c api.Config) *store.Store {
 	t.Helper()
-	d, twin := newDisk(t, g), newDisk(t, g)
+	d, twin := drill.NewDisk(g), drill.NewDisk(g)
 	x, e := dump.Load(b, size, d, g, c)
 	if want := byHand(twin, g, c, s, list); e != want || e != api.OK || x == nil {
 		t.Fatalf("%v, %v: Load of %d entries = %v, %d; by hand %d", g, c, len(list), x, e, want)
 	}
-	if !alike(d, twin) {
+	if !drill.SameDisks(d, twin) {
 		t.Fatalf("%v, %v: Load leaves another disk than Create, Put and Checkpoint", g, c)
 	}
 	if x.Seq() != uint64(len(list)) || x.Mode() != api.ModeOpen || x.Geometry() != g || x.Config() != c || !slices.Equal(x.Schema().Fields, s.Fields) {
@@ -86,18 +76,18 @@ func TestLoadedStoresGoOn(t *testing.T) {
 	for i, c := range drill.Measures()[:4] {
 		s := drill.Schemas()[i%2]
 		list, b := some(&numbers, s, 30, 200)
-		g := drill.GeometryOf(c, 400)
-		sh := &shop{t: t, s: s, c: c, g: g, x: loads(t, b, 200, s, list, g, c), rows: map[string]api.Row{}, seq: uint64(len(list))}
+		x := loads(t, b, 200, s, list, drill.GeometryOf(c, 400), c)
+		sh := drill.Shop{Schema: s, Config: c, Store: x, Rows: map[string]api.Row{}, Seq: uint64(len(list))}
 		for _, entry := range list {
-			sh.rows[entry.Key] = api.Row{Here: true, Vals: entry.Vals}
+			sh.Rows[entry.Key] = api.Row{Here: true, Vals: entry.Vals}
 		}
 		f := drill.Fitting{Schema: s, Numbers: &numbers}
 		for range 100 {
-			sh.do(f.Change(drill.SomeKey(&numbers, 40)))
+			sh.Do(f.Change(drill.SomeKey(&numbers, 40)))
 		}
-		holds(t, "changed", sh.x, sh.entries())
-		if sh.x.Seq() != sh.seq {
-			t.Errorf("Seq = %d, want %d", sh.x.Seq(), sh.seq)
+		holds(t, "changed", sh.Store, sh.Entries())
+		if sh.Store.Seq() != sh.Seq {
+			t.Errorf("Seq = %d, want %d", sh.Store.Seq(), sh.Seq)
 		}
 	}
 }
@@ -108,10 +98,10 @@ func TestLoadOverAnotherStore(t *testing.T) {
 	s := drill.SchemaOf("n:int,tag:bytes?")
 	sh := grown(t, drill.Schemas()[0], drill.Measures()[0], &numbers, 20)
 	list, b := some(&numbers, s, 10, 300)
-	g := sh.g
+	g := sh.Geometry
 	g.Blocks = 8*len(list) + 16
 	for range 2 {
-		x, e := dump.Load(b, 300, sh.d, g, sh.c)
+		x, e := dump.Load(b, 300, sh.Disk, g, sh.Config)
 		if e != api.OK {
 			t.Fatalf("Load = %d", e)
 		}
@@ -120,7 +110,7 @@ func TestLoadOverAnotherStore(t *testing.T) {
 	}
 	rubbish := bytes.Repeat([]byte{'S'}, pager.Sectors(g)*g.Sector)
 	d, _ := disk.FromImage(rubbish, g.Sector)
-	x, e := dump.Load(b, 300, d, g, sh.c)
+	x, e := dump.Load(b, 300, d, g, sh.Config)
 	if e != api.OK {
 		t.Fatalf("Load = %d", e)
 	}
@@ -146,10 +136,10 @@ func TestLoadOfWrongArguments(t *testing.T) {
 	g := drill.GeometryOf(c, 100)
 	noBlocks, none := g, api.Geometry{}
 	noBlocks.Blocks = 3
-	d, dead := newDisk(t, g), newDisk(t, g)
+	d, dead := drill.NewDisk(g), drill.NewDisk(g)
 	small, _ := disk.New(pager.Sectors(g)-1, g.Sector)
 	other, _ := disk.New(pager.Sectors(g), g.Sector+1)
-	kill(dead)
+	drill.Kill(dead)
 	bad, high := b[:320], c
 	high.Leaf = 64
 	list := []wrongLoad{
@@ -184,10 +174,10 @@ func TestLoadWithoutRoom(t *testing.T) {
 		list, b := some(&numbers, s, 30, 256)
 		for blocks := 4; blocks < 60; blocks++ {
 			g := drill.GeometryOf(c, blocks)
-			d, twin := newDisk(t, g), newDisk(t, g)
+			d, twin := drill.NewDisk(g), drill.NewDisk(g)
 			x, e := dump.Load(b, 256, d, g, c)
 			met[e]++
-			if want := byHand(twin, g, c, s, list); e != want || (x == nil) == (e == api.OK) || !alike(d, twin) {
+			if want := byHand(twin, g, c, s, list); e != want || (x == nil) == (e == api.OK) || !drill.SameDisks(d, twin) {
 				t.Fatalf("%v, %d blocks: Load = %v, %d, by hand %d", c, blocks, x, e, want)
 			}
 			left, e := store.Open(d)
@@ -209,13 +199,13 @@ func TestLoadWithoutPower(t *testing.T) {
 	s := drill.SchemaOf("n:int,tag:bytes?")
 	list, b := some(&numbers, s, 9, 160)
 	g := drill.GeometryOf(c, 8*len(list)+16)
-	fresh := newDisk(t, g)
+	fresh := drill.NewDisk(g)
 	if _, e := store.Create(fresh, g, c, s); e != api.OK {
 		t.Fatalf("Create = %d", e)
 	}
 	created, parted := fresh.Stats().Writes, 0
 	for writes := 0; ; writes++ {
-		d := newDisk(t, g)
+		d := drill.NewDisk(g)
 		d.Arm(writes)
 		x, e := dump.Load(b, 160, d, g, c)
 		if e == api.OK {

@@ -22,7 +22,7 @@ func TestArgumentsAreNotChanged(t *testing.T) {
 		for range dump.Entries(given, 160) {
 		}
 		g := drill.GeometryOf(c, 200)
-		dump.Load(given, 160, newDisk(t, g), g, c)
+		dump.Load(given, 160, drill.NewDisk(g), g, c)
 		if !drill.AsItWas(given, b, 77) {
 			t.Fatalf("%d bytes were changed", len(b))
 		}
@@ -48,7 +48,7 @@ func TestAnswersShareNothing(t *testing.T) {
 		t.Fatal("two schemas share memory")
 	}
 	drill.Overwrite(one.Schema.Fields, api.Field{Name: "spare"})
-	if three, _ := dump.Check(second, 160); !slices.Equal(two.Schema.Fields, sh.s.Fields) || !slices.Equal(three.Schema.Fields, sh.s.Fields) {
+	if three, _ := dump.Check(second, 160); !slices.Equal(two.Schema.Fields, sh.Schema.Fields) || !slices.Equal(three.Schema.Fields, sh.Schema.Fields) {
 		t.Error("what was done to one schema is seen in another")
 	}
 }
@@ -60,7 +60,7 @@ func TestLoadKeepsNothing(t *testing.T) {
 	for _, s := range drill.Schemas() {
 		list, b := some(&numbers, s, 20, 160)
 		g := drill.GeometryOf(c, 300)
-		x, e := dump.Load(b, 160, newDisk(t, g), g, c)
+		x, e := dump.Load(b, 160, drill.NewDisk(g), g, c)
 		if e != api.OK {
 			t.Fatalf("Load = %d", e)
 		}

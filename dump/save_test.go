@@ -32,15 +32,15 @@ func TestSave(t *testing.T) {
 		f := drill.Fitting{Schema: s, Numbers: &numbers}
 		for round := range 80 {
 			sh.saves(drill.Pick(&numbers, sizes()))
-			sh.do(f.Change(drill.SomeKey(&numbers, 40)), f.Change(drill.SomeKey(&numbers, 40)))
+			sh.Do(f.Change(drill.SomeKey(&numbers, 40)), f.Change(drill.SomeKey(&numbers, 40)))
 			switch round % 20 {
 			case 3:
-				sh.x.Sync()
+				sh.Store.Sync()
 			case 7:
-				sh.x.Checkpoint()
+				sh.Store.Checkpoint()
 			case 13:
-				sh.x.Sync()
-				sh.x, _ = store.Open(sh.d)
+				sh.Store.Sync()
+				sh.Store, _ = store.Open(sh.Disk)
 			}
 		}
 		checks(t, "the last one", sh.saves(160), 160)
@@ -63,7 +63,7 @@ func TestSaveOfFullFrames(t *testing.T) {
 	sh := newShop(t, s, drill.Measures()[0], 200)
 	for number := range 9 {
 		key := strings.Repeat("k", 15) + string(rune('0'+number))
-		sh.do(api.Change{Kind: api.MPut, Key: key, Vals: []api.Value{full, full, full}}) // 82 bytes
+		sh.Do(api.Change{Kind: api.MPut, Key: key, Vals: []api.Value{full, full, full}}) // 82 bytes
 	}
 	for size, frames := range map[int]int{160: 9, 178: 9, 179: 5, 260: 5, 261: 3, 342: 3, 343: 3, 752: 2, 753: 1, 754: 1} {
 		if b := sh.saves(size); len(b) != (2+frames)*size {
@@ -82,7 +82,7 @@ func TestSaveAtTheEdges(t *testing.T) {
 		sh := newShop(t, s, drill.Measures()[0], 300)
 		records := drill.Records(s)
 		for number, key := range drill.Keys() {
-			sh.do(api.Change{Kind: api.MPut, Key: key, Vals: records[number%len(records)]})
+			sh.Do(api.Change{Kind: api.MPut, Key: key, Vals: records[number%len(records)]})
 		}
 		for _, size := range sizes() {
 			checks(t, text, sh.saves(size), size)
@@ -95,7 +95,7 @@ func TestSaveOfGreatSeq(t *testing.T) {
 	c := drill.Measures()[0]
 	g := drill.GeometryOf(c, 40)
 	for _, seq := range []uint64{1, 255, 1 << 32, 1<<64 - 1} {
-		d := newDisk(t, g)
+		d := drill.NewDisk(g)
 		if _, e := store.Create(d, g, c, drill.SchemaOf("n:int")); e != api.OK {
 			t.Fatalf("Create = %d", e)
 		}
@@ -124,11 +124,11 @@ func TestSaveOfWrongArguments(t *testing.T) {
 	sh := grown(t, drill.Schemas()[1], drill.Measures()[0], &numbers, 10)
 	wants := func(what string, x *store.Store, size int, want api.Errno) {
 		t.Helper()
-		stats := sh.d.Stats()
+		stats := sh.Disk.Stats()
 		if b, e := dump.Save(x, size); len(b) > 0 || e != want {
 			t.Errorf("%s: Save(%d) = %d bytes, %d, want %d", what, size, len(b), e, want)
 		}
-		if sh.d.Stats() != stats {
+		if sh.Disk.Stats() != stats {
 			t.Errorf("%s: Save(%d) touches the disk", what, size)
 		}
 	}
@@ -137,15 +137,15 @@ func TestSaveOfWrongArguments(t *testing.T) {
 	}
 	for _, size := range wrongSizes() {
 		wants("nil", nil, size, api.ErrArg)
-		wants("an open store", sh.x, size, api.ErrArg)
+		wants("an open store", sh.Store, size, api.ErrArg)
 	}
 	sh.saves(160)
-	kill(sh.d)
+	drill.Kill(sh.Disk)
 	for _, size := range sizes() {
-		wants("a dead store", sh.x, size, api.ErrPower)
+		wants("a dead store", sh.Store, size, api.ErrPower)
 	}
 	for _, size := range wrongSizes() {
-		wants("a dead store", sh.x, size, api.ErrArg)
+		wants("a dead store", sh.Store, size, api.ErrArg)
 	}
 }
 
@@ -154,14 +154,11 @@ func TestSaveOfAReadOnlyStore(t *testing.T) {
 	s := drill.SchemaOf("n:int")
 	for blocks := 4; blocks < 20; blocks++ {
 		sh := newShop(t, s, drill.Measures()[0], blocks)
-		for number := 0; sh.x.Mode() == api.ModeOpen; number++ {
-			c := drill.ChangeOf(s, "put "+drill.Key(1000+5*number)+" {n=7}")
-			if sh.x.Apply(c) == api.OK {
-				sh.rows, sh.seq = drill.PlayChanges(s, sh.rows, c), sh.seq+1
-			}
+		for number := 0; sh.Store.Mode() == api.ModeOpen; number++ {
+			sh.Try(drill.ChangeOf(s, "put "+drill.Key(1000+5*number)+" {n=7}"))
 		}
-		if sh.saves(160); sh.x.Mode() != api.ModeReadOnly {
-			t.Errorf("%d blocks: Mode = %d", blocks, sh.x.Mode())
+		if sh.saves(160); sh.Store.Mode() != api.ModeReadOnly {
+			t.Errorf("%d blocks: Mode = %d", blocks, sh.Store.Mode())
 		}
 	}
 }
@@ -173,19 +170,19 @@ func TestSaveOverDamage(t *testing.T) {
 	for i, c := range drill.Measures()[:5] {
 		sh := grown(t, drill.Schemas()[i%2], c, &numbers, 40)
 		for _, gone := range []int{0, 1, 3} {
-			list := sh.entries()
+			list := sh.Entries()
 			for _, entry := range list[len(list)-gone:] {
-				sh.do(api.Change{Kind: api.MDelete, Key: entry.Key})
+				sh.Do(api.Change{Kind: api.MDelete, Key: entry.Key})
 			}
-			for block := range sh.g.Blocks / 2 {
-				undo := sh.spoil(block)
-				_, want := sh.x.Scan("", "", math.MaxInt)
+			for block := range sh.Geometry.Blocks / 2 {
+				undo := sh.Spoil(block)
+				_, want := sh.Store.Scan("", "", math.MaxInt)
 				met[want]++
 				if want == api.OK {
 					sh.saves(160)
-				} else if b, e := dump.Save(sh.x, 160); len(b) > 0 || e != want {
+				} else if b, e := dump.Save(sh.Store, 160); len(b) > 0 || e != want {
 					t.Fatalf("%v, block %d: Save = %d bytes, %d, want %d", c, block, len(b), e, want)
-				} else if given(sh.x) == len(sh.entries()) {
+				} else if given(sh.Store) == len(sh.Entries()) {
 					silent++
 				}
 				undo()
@@ -202,15 +199,15 @@ func TestSaveOverDamage(t *testing.T) {
 func TestSaveOfCloseKeysOverDamage(t *testing.T) {
 	sh := newShop(t, drill.SchemaOf("n:int"), drill.Measures()[0], 200)
 	for zeros := range 16 {
-		sh.do(api.Change{Kind: api.MPut, Key: strings.Repeat("\x00", zeros+1), Vals: []api.Value{{Kind: api.Int, N: 1}}})
+		sh.Do(api.Change{Kind: api.MPut, Key: strings.Repeat("\x00", zeros+1), Vals: []api.Value{{Kind: api.Int, N: 1}}})
 	}
 	sh.saves(160)
 	met := map[api.Errno]int{}
-	for block := range sh.g.Blocks {
-		undo := sh.spoil(block)
-		_, want := sh.x.Scan("", "", math.MaxInt)
+	for block := range sh.Geometry.Blocks {
+		undo := sh.Spoil(block)
+		_, want := sh.Store.Scan("", "", math.MaxInt)
 		met[want]++
-		if b, e := dump.Save(sh.x, 160); e != want || len(b) > 0 && e != api.OK {
+		if b, e := dump.Save(sh.Store, 160); e != want || len(b) > 0 && e != api.OK {
 			t.Errorf("block %d: Save = %d bytes, %d, want %d", block, len(b), e, want)
 		}
 		undo()
@@ -233,13 +230,13 @@ func given(x *store.Store) int {
 func TestSaveOverTurnedBits(t *testing.T) {
 	numbers := drill.Numbers(615)
 	sh := grown(t, drill.SchemaOf("n:int"), drill.Measures()[0], &numbers, 8)
-	if e := sh.x.Checkpoint(); e != api.OK {
+	if e := sh.Store.Checkpoint(); e != api.OK {
 		t.Fatalf("Checkpoint = %d", e)
 	}
-	image, from, met := sh.d.Image(), (2+sh.g.Log)*sh.g.Sector, map[api.Errno]int{}
-	for bit := 8 * from; bit < 8*(from+24*sh.g.Sector*sh.g.Per); bit += 61 {
+	image, from, met := sh.Disk.Image(), (2+sh.Geometry.Log)*sh.Geometry.Sector, map[api.Errno]int{}
+	for bit := 8 * from; bit < 8*(from+24*sh.Geometry.Sector*sh.Geometry.Per); bit += 61 {
 		image[bit/8] ^= 1 << (bit % 8)
-		d, _ := disk.FromImage(image, sh.g.Sector)
+		d, _ := disk.FromImage(image, sh.Geometry.Sector)
 		if x, e := store.Open(d); e == api.OK {
 			b, e := dump.Save(x, 160)
 			met[e]++
@@ -263,7 +260,7 @@ func TestSaveAmongOthers(t *testing.T) {
 	for range 4 {
 		group.Go(func() {
 			for range 20 {
-				if b, e := dump.Save(sh.x, 200); e != api.OK || !bytes.Equal(b, want) {
+				if b, e := dump.Save(sh.Store, 200); e != api.OK || !bytes.Equal(b, want) {
 					t.Errorf("Save = %d bytes, %d", len(b), e)
 				}
 			}
@@ -274,7 +271,7 @@ func TestSaveAmongOthers(t *testing.T) {
 		group.Go(func() {
 			for number := range 60 {
 				key := drill.Key((number*7 + worker) % 30)
-				if e := sh.x.Upsert(key, "if here { delete } else { new }"); e != api.OK {
+				if e := sh.Store.Upsert(key, "if here { delete } else { new }"); e != api.OK {
 					t.Errorf("Upsert = %d", e)
 				}
 			}
@@ -282,7 +279,7 @@ func TestSaveAmongOthers(t *testing.T) {
 	}
 	group.Go(func() {
 		for range 60 {
-			b, e := dump.Save(sh.x, 200)
+			b, e := dump.Save(sh.Store, 200)
 			if _, is := bookCheck(b, 200); e != api.OK || !is {
 				t.Errorf("among changes: Save = %d bytes, %d", len(b), e)
 			}

@@ -6,123 +6,49 @@ import (
 	"testing"
 
 	"arbor/api"
-	"arbor/disk"
 	"arbor/drill"
 	"arbor/dump"
-	"arbor/pager"
-	"arbor/store"
 )
 
-// shop: a store on a disk, and the abstract map of its calls.
+// shop: a store that is saved.
 type shop struct {
-	t    *testing.T
-	s    api.Schema
-	c    api.Config
-	g    api.Geometry
-	d    *disk.Disk
-	x    *store.Store
-	rows map[string]api.Row
-	seq  uint64
-}
-
-func newDisk(t *testing.T, g api.Geometry) *disk.Disk {
-	t.Helper()
-	d, e := disk.New(pager.Sectors(g), g.Sector)
-	if e != api.OK {
-		t.Fatalf("a disk for %v: %d", g, e)
-	}
-	return d
+	*drill.Shop
+	t *testing.T
 }
 
 func newShop(t *testing.T, s api.Schema, c api.Config, blocks int) *shop {
-	t.Helper()
-	g := drill.GeometryOf(c, blocks)
-	sh := &shop{t: t, s: s, c: c, g: g, d: newDisk(t, g), rows: map[string]api.Row{}}
-	x, e := store.Create(sh.d, g, c, s)
-	if e != api.OK {
-		t.Fatalf("Create(%v, %v) = %d", g, c, e)
-	}
-	sh.x = x
-	return sh
+	return &shop{drill.NewShop(s, c, blocks), t}
 }
 
-// grown: a store in which so many keys were named, some of them more than once, some of them without a record now.
 func grown(t *testing.T, s api.Schema, c api.Config, numbers *drill.Numbers, keys int) *shop {
-	t.Helper()
-	sh := newShop(t, s, c, 8*keys+40)
-	f := drill.Fitting{Schema: s, Numbers: numbers}
-	for number := range keys {
-		sh.do(api.Change{Kind: api.MPut, Key: drill.Key(number * 37 % keys), Vals: f.Record()})
-		sh.do(f.Change(drill.SomeKey(numbers, keys)), f.Change(drill.SomeKey(numbers, keys)))
-	}
-	return sh
-}
-
-// do: a call that is accepted.
-func (sh *shop) do(cs ...api.Change) {
-	sh.t.Helper()
-	if e := sh.x.Apply(cs...); e != api.OK {
-		sh.t.Fatalf("Apply(%s) = %d", drill.ShownChanges(sh.s, cs), e)
-	}
-	sh.rows = drill.PlayChanges(sh.s, sh.rows, cs...)
-	sh.seq++
+	return &shop{drill.GrownShop(s, c, numbers, keys), t}
 }
 
 func (sh *shop) doAll(texts ...string) {
 	sh.t.Helper()
 	for _, text := range texts {
-		sh.do(drill.ChangeOf(sh.s, text))
+		sh.Do(drill.ChangeOf(sh.Schema, text))
 	}
-}
-
-func (sh *shop) entries() []api.Entry {
-	return drill.EntriesOf(sh.rows, "", "")
 }
 
 // dump: what the book says that Save gives.
 func (sh *shop) dump(size int) []byte {
-	return bookDump(sh.s, sh.seq, sh.entries(), size)
+	return bookDump(sh.Schema, sh.Seq, sh.Entries(), size)
 }
 
 // saves: Save gives the dump of the map, and does nothing to the disk but read it.
 func (sh *shop) saves(size int) []byte {
 	sh.t.Helper()
-	image, pending, stats, mode := sh.d.Image(), sh.d.Pending(), sh.d.Stats(), sh.x.Mode()
-	b, e := dump.Save(sh.x, size)
+	image, pending, stats, mode := sh.Disk.Image(), sh.Disk.Pending(), sh.Disk.Stats(), sh.Store.Mode()
+	b, e := dump.Save(sh.Store, size)
 	if e != api.OK || !bytes.Equal(b, sh.dump(size)) {
-		sh.t.Fatalf("%v: Save(%d) = %d bytes, %d, want %d", sh.c, size, len(b), e, len(sh.dump(size)))
+		sh.t.Fatalf("%v: Save(%d) = %d bytes, %d, want %d", sh.Config, size, len(b), e, len(sh.dump(size)))
 	}
-	now := sh.d.Stats()
-	if now.Writes != stats.Writes || now.Flushes != stats.Flushes || !bytes.Equal(sh.d.Image(), image) || !slices.EqualFunc(sh.d.Pending(), pending, sameWrite) || sh.x.Seq() != sh.seq || sh.x.Mode() != mode {
-		sh.t.Fatalf("%v: Save(%d) changes the store or its disk", sh.c, size)
+	now := sh.Disk.Stats()
+	if now.Writes != stats.Writes || now.Flushes != stats.Flushes || !bytes.Equal(sh.Disk.Image(), image) || !drill.SameWrites(sh.Disk.Pending(), pending) || sh.Store.Seq() != sh.Seq || sh.Store.Mode() != mode {
+		sh.t.Fatalf("%v: Save(%d) changes the store or its disk", sh.Config, size)
 	}
 	return b
-}
-
-func sameWrite(a, b api.Write) bool {
-	return a.At == b.At && bytes.Equal(a.Bytes, b.Bytes)
-}
-
-// spoil: the bytes of a block are others, until undone.
-func (sh *shop) spoil(block int) func() {
-	from := 2 + sh.g.Log + block*sh.g.Per
-	old := make([][]byte, sh.g.Per)
-	for k := range old {
-		old[k], _ = sh.d.Read(from + k)
-		sh.d.Write(from+k, bytes.Repeat([]byte{7}, sh.g.Sector))
-	}
-	return func() {
-		for k, b := range old {
-			sh.d.Write(from+k, b)
-		}
-	}
-}
-
-// kill: the power goes.
-func kill(d *disk.Disk) {
-	_, size := d.Shape()
-	d.Arm(0)
-	d.Write(0, make([]byte, size))
 }
 
 // listOf: what an iterator gives, up to so many entries.
@@ -177,7 +103,7 @@ func refused(t *testing.T, what string, b []byte, size int) {
 	}
 	c := drill.Measures()[0]
 	g := drill.GeometryOf(c, 24)
-	d := newDisk(t, g)
+	d := drill.NewDisk(g)
 	if x, e := dump.Load(b, size, d, g, c); x != nil || e != api.ErrDump {
 		t.Fatalf("%s: Load = %v, %d", what, x, e)
 	}

@@ -104,8 +104,8 @@ func TestAnswersOfAStoreShareNothing(t *testing.T) {
 	numbers := drill.Numbers(252)
 	sh := grown(t, drill.SchemaOf(exampleSchema), drill.Measures()[1], &numbers, 20)
 	for _, text := range []string{"rows", "rows by n down", "where n > 0 rows limit 5"} {
-		first, _ := query.Run(sh.x, "", "", queryOf(text))
-		second, _ := query.Run(sh.x, "", "", queryOf(text))
+		first, _ := query.Run(sh.Store, "", "", queryOf(text))
+		second, _ := query.Run(sh.Store, "", "", queryOf(text))
 		var lists [][]api.Value
 		for _, row := range slices.Concat(first.Rows, second.Rows) {
 			lists = append(lists, row.Vals)
