@@ -14,3 +14,17 @@ func (n *Numbers) Spoiled(b []byte, at int) [][]byte {
 		slices.Insert(bytes.Clone(b), at, c),
 	}
 }
+
+// Turned: the same bytes with some of 32 bits turned, from a bit on, the lowest of each byte first.
+func Turned(b []byte, from int, run uint32) []byte {
+	b = bytes.Clone(b)
+	for bit := from; run > 0 && bit < 8*len(b); bit, run = bit+1, run>>1 {
+		b[bit/8] ^= byte(run&1) << (bit % 8)
+	}
+	return b
+}
+
+// Runs: of bits that are turned, short and long ones. The first bit of each is one of them.
+func (n *Numbers) Runs() []uint32 {
+	return []uint32{1, 3, 0x80000001, 0xffffffff, 0xff, uint32(n.Below(1<<16))<<16 | uint32(n.Below(1<<16)) | 1}
+}

@@ -64,23 +64,13 @@ func TestSavedInAnotherSize(t *testing.T) {
 	}
 }
 
-// turned: the bytes with some of 32 bits turned, from a bit on, the lowest of a byte first.
-func turned(b []byte, from int, run uint32) []byte {
-	b = bytes.Clone(b)
-	for bit := from; run > 0 && bit < 8*len(b); bit, run = bit+1, run>>1 {
-		b[bit/8] ^= byte(run&1) << (bit % 8)
-	}
-	return b
-}
-
 // P22.6, W8: wherever bits of one run of 32 are turned, over the seam of two frames too.
 func TestTurnedBitsAreTold(t *testing.T) {
 	numbers := drill.Numbers(653)
 	for _, b := range [][]byte{laid(three(), 160), bookDump(drill.SchemaOf("n:int"), 0, nil, 160)} {
 		for bit := range 8 * len(b) {
-			runs := []uint32{1, 3, 0x80000001, 0xffffffff, 0xff, uint32(numbers.Below(1<<16))<<16 | uint32(numbers.Below(1<<16)) | 1}
-			for _, run := range runs {
-				c := turned(b, bit, run)
+			for _, run := range numbers.Runs() {
+				c := drill.Turned(b, bit, run)
 				if info, e := dump.Check(c, 160); e != api.ErrDump || !sameInfo(info, api.DumpInfo{}) {
 					t.Fatalf("%#x turned from bit %d on: Check = %v, %d", run, bit, info, e)
 				}

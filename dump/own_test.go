@@ -16,7 +16,7 @@ func TestArgumentsAreNotChanged(t *testing.T) {
 	numbers := drill.Numbers(661)
 	c := drill.Measures()[0]
 	_, b := some(&numbers, drill.Schemas()[0], 12, 160)
-	for _, b := range [][]byte{nil, b, b[:480], b[:len(b)-3], turned(b, 777, 9), make([]byte, 320)} {
+	for _, b := range [][]byte{nil, b, b[:480], b[:len(b)-3], drill.Turned(b, 777, 9), make([]byte, 320)} {
 		given := drill.Roomy(b, 77)
 		dump.Check(given, 160)
 		for range dump.Entries(given, 160) {
