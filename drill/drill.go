@@ -1,4 +1,4 @@
-// Package drill: what the tests of several layers are made of: every short script, every choice of surviving writes, numbers for long scripts; trees, codes, rows, messages and changes, those that fit a schema and those that are wrong; stores on disks of their own; the shape of a tree in pages; a stand-in for the machine; what is slack in a code; what tells who shares or changes a list; grammars and the sources that grow by them; texts; spoiled bytes.
+// Package drill: what the tests of several layers are made of: every short script, every choice of surviving writes, numbers for long scripts; trees, codes, rows, messages and changes, those that fit a schema and those that are wrong; stores on disks of their own; a book of transactions; the shape of a tree in pages; a stand-in for the machine; what is slack in a code; what tells who shares or changes a list; grammars and the sources that grow by them; texts; spoiled bytes.
 package drill
 
 // Scripts: each list of so many steps is handed on, the same memory each time.

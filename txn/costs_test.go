@@ -16,7 +16,7 @@ func TestWhatAsksNothing(t *testing.T) {
 	numbers := drill.Numbers(541)
 	for _, c := range drill.Measures()[:4] {
 		base := durableDesk(t, c, &numbers, 20)
-		k := deskOver(t, base.g, base.c, base.d, base.st, base.book.now())
+		k := deskOver(t, base.g, base.c, base.d, base.st, base.book.Now())
 		f := drill.Fitting{Schema: k.s, Numbers: &numbers}
 		refused, other := k.begin(), k.begin()
 		k.ask(refused, getOf(k.s, drill.Key(0)))
@@ -74,7 +74,7 @@ func TestACommitIsOneCall(t *testing.T) {
 				for range 1 + numbers.Below(8) {
 					k.ask(who, changeOf(s, f.Change(drill.SomeKey(&numbers, 20))))
 				}
-				changes := who.book.changes
+				changes := who.book.Changes
 				k.ends(who, api.OK)
 				if e := twin.st.Apply(changes...); e != api.OK {
 					t.Fatalf("Apply = %d", e)

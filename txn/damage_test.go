@@ -49,16 +49,16 @@ func (k *desk) spoiled(block int) *desk {
 	if e != api.OK {
 		return nil
 	}
-	return deskOver(k.t, k.g, k.c, d, st, k.book.now())
+	return deskOver(k.t, k.g, k.c, d, st, k.book.Now())
 }
 
 // attempt: does a call answer what the book says, or ErrDamaged? What it answers so is not read.
 func (k *desk) attempt(who *client, c call) bool {
 	k.t.Helper()
-	was := len(who.book.looks)
+	was := len(who.book.Looks)
 	got, want := c.do(who.x), c.told(who.book)
 	if got == nothing(k.s, c) {
-		who.book.looks = who.book.looks[:was]
+		who.book.Looks = who.book.Looks[:was]
 		return false
 	}
 	if got != want {
@@ -124,16 +124,16 @@ func (k *desk) commitOverDamage(who *client) api.Errno {
 	k.t.Helper()
 	seq, commits := k.st.Seq(), k.m.Commits()
 	e := who.x.Commit()
-	who.book.over = true
+	who.book.Over = true
 	want := api.OK
 	switch {
-	case len(who.book.changes) == 0:
-	case who.book.meetsConflict():
+	case len(who.book.Changes) == 0:
+	case who.book.MeetsConflict():
 		want = api.ErrConflict
 	case e == api.ErrDamaged:
 		want = e
 	default:
-		who.book.committed()
+		who.book.Committed()
 		seq, commits = seq+1, commits+1
 	}
 	if e != want || k.st.Seq() != seq || k.m.Commits() != commits || k.st.Mode() != api.ModeOpen {

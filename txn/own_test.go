@@ -23,7 +23,7 @@ func TestArgumentsAreNotKept(t *testing.T) {
 				if e := who.x.Put(key, vals...); e != api.OK || !drill.AsItWas(vals, record, spareValue) {
 					t.Fatalf("Put = %d, and the values are %v, they were %v", e, vals, record)
 				}
-				who.book.change(api.Change{Kind: api.MPut, Key: key, Vals: record})
+				who.book.Change(api.Change{Kind: api.MPut, Key: key, Vals: record})
 				drill.Overwrite(vals, spareValue)
 				k.ask(who, getOf(k.s, key))
 			}
@@ -143,7 +143,7 @@ func TestOneManagerBehindAnother(t *testing.T) {
 			w.step()
 		}
 		// Those that are open still have changed nothing.
-		k = deskOver(t, k.g, k.c, k.d, k.st, k.book.now())
+		k = deskOver(t, k.g, k.c, k.d, k.st, k.book.Now())
 		k.isNow()
 	}
 }

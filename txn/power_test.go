@@ -17,9 +17,9 @@ func (k *desk) survived(d *disk.Disk) *desk {
 	if e != api.OK {
 		k.t.Fatalf("%v: Open = %d", k.c, e)
 	}
-	past := k.book.past
+	past := k.book.Past
 	if k.dying != nil {
-		past = append(past[:len(past):len(past)], drill.PlayChanges(k.s, k.book.now(), k.dying.book.changes...))
+		past = append(past[:len(past):len(past)], drill.PlayChanges(k.s, k.book.Now(), k.dying.book.Changes...))
 	}
 	if st.Seq() < k.least || st.Seq()-k.seq >= uint64(len(past)) {
 		k.t.Fatalf("%v: Seq = %d, of %d commits behind %d, where %d were durable", k.c, st.Seq(), len(past)-1, k.seq, k.least)

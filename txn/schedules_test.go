@@ -18,7 +18,7 @@ func (k *desk) serial() {
 	alone := newDesk(k.t, k.s, k.g, k.c)
 	for commits := range len(k.writers) + 1 {
 		for _, who := range k.readers {
-			if who.book.begun == commits {
+			if who.book.Begun == commits {
 				who.again(k.t, alone.m)
 			}
 		}
@@ -26,7 +26,7 @@ func (k *desk) serial() {
 			k.writers[commits].again(k.t, alone.m)
 		}
 	}
-	want := drill.EntriesOf(k.book.now(), "", "")
+	want := drill.EntriesOf(k.book.Now(), "", "")
 	if got, e := alone.st.Scan("", "", math.MaxInt); e != api.OK || !drill.SameEntries(got, want) {
 		k.t.Fatalf("%v: one behind the other they make %s, %d, want %s", k.c, drill.ShownEntries(k.s, got), e, drill.ShownEntries(k.s, want))
 	}
@@ -131,7 +131,7 @@ func (k *desk) startAnew(texts ...string) {
 	who := k.begin()
 	k.change(who, texts...)
 	k.ends(who, api.OK)
-	k.book.past, k.book.named = k.book.past[len(k.book.past)-1:], nil
+	k.book.Past, k.book.Named = k.book.Past[len(k.book.Past)-1:], nil
 	k.before, k.seq = k.before+len(k.writers), k.st.Seq()
 	k.readers, k.writers = nil, nil
 }
