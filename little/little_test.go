@@ -83,3 +83,32 @@ func TestShortParts(t *testing.T) {
 		}
 	}
 }
+
+// Likewise of parts with a longer number ahead of them; a number that is greater than all that stands there is no part's.
+func TestSizedParts(t *testing.T) {
+	for width := range 9 {
+		for _, length := range []int{0, 1, 255, 256, 65535, 65536} {
+			if length >= 1<<(8*min(width, 3)) {
+				continue
+			}
+			part := bytes.Repeat([]byte{7}, length)
+			b := little.AppendSized([]byte{5}, part, width)
+			if !bytes.Equal(b, little.AppendSized([]byte{5}, string(part), width)) || !bytes.Equal(b, append(little.Append([]byte{5}, uint64(length), width), part...)) {
+				t.Fatalf("a part of %d bytes behind %d is laid as %v", length, width, b[:min(len(b), 12)])
+			}
+			got, rest, ok := little.Sized(append(b[1:], 3, 4), width)
+			if !ok || !bytes.Equal(got, part) || !bytes.Equal(rest, []byte{3, 4}) {
+				t.Errorf("a part of %d bytes behind %d comes back as %d bytes, %v, %v", length, width, len(got), rest, ok)
+			}
+			for cut := range min(width+length, 500) {
+				if got, rest, ok := little.Sized(b[1:1+cut], width); ok || len(got)+len(rest) != 0 {
+					t.Errorf("%d of %d bytes: %v, %v", cut, width+length, got, rest)
+				}
+			}
+		}
+		huge := bytes.Repeat([]byte{255}, width+3)
+		if _, _, ok := little.Sized(huge, width); ok != (width == 0) {
+			t.Errorf("the greatest number of %d bytes: %v", width, ok)
+		}
+	}
+}

@@ -31,8 +31,7 @@ func (w *writer) short(text string) {
 }
 
 func (w *writer) long(text string) {
-	w.number(uint64(len(text)), 2)
-	w.b = append(w.b, text...)
+	w.b = little.AppendSized(w.b, text, 2)
 }
 
 // record: one of the schema.
